@@ -1,0 +1,85 @@
+package expo
+
+import "math/bits"
+
+// How many terms a limb asks for. With any other count the intervals are as true: with fewer terms they are wide, with more they get no narrower.
+const (
+	powerTerms  = 9  // each at least 2^6 times less, and j! less in all
+	artanhTerms = 21 // each at least 9 times less
+)
+
+// Exponents are halved till they are below 2^-halvings.
+const halvings = 6
+
+// A power is e^(size / 2^f), or 1 over it.
+type power struct {
+	size  uint64
+	f     int
+	below bool
+}
+
+func powerOf(a int64, f int) power {
+	if a < 0 {
+		return power{size: uint64(-a), f: f, below: true}
+	}
+	return power{size: uint64(a), f: f}
+}
+
+// about halves the exponent x, and squares as often. In between e^x is 1 + x/1 (1 + x/2 (1 + x/3 ( .. ))), where the innermost bracket is from 0 to 2; so it is with -x.
+func (p power) about(limbs int) interval {
+	times := bits.Len64(p.size>>p.f) + halvings
+	sum, step := upToTwo(limbs), newInterval(limbs)
+	for j := powerTerms * limbs; j > 0; j-- {
+		step.put(p.size, uint64(j)<<(p.f+times))
+		sum.multiply(step)
+		if p.below {
+			sum.takeFromOne()
+		} else {
+			sum.addOne()
+		}
+	}
+	for range times {
+		sum.multiply(sum)
+	}
+	return sum
+}
+
+// A logarithm is ln(2^doublings times above / below), where above is not less than below, and less than twice as much.
+type logarithm struct {
+	above, below, doublings uint64
+}
+
+func logarithmOf(greater, lower int64) logarithm {
+	n := bits.Len64(uint64(greater)) - bits.Len64(uint64(lower))
+	if lower<<n > greater {
+		n--
+	}
+	return logarithm{above: uint64(greater), below: uint64(lower) << n, doublings: uint64(n)}
+}
+
+// about reckons by ln(p / q), which is twice artanh of (p - q) / (p + q), and so by a third for ln 2.
+func (l logarithm) about(limbs int) interval {
+	sum := artanh(l.above-l.below, l.above+l.below, limbs)
+	doubling, times := artanh(1, 3, limbs), newInterval(limbs)
+	times.put(l.doublings, 1)
+	doubling.multiply(times)
+	sum.add(doubling)
+	sum.add(sum)
+	return sum
+}
+
+// artanh of z, which is p / q and at most a third, is z (1 + z^2 (1/3 + z^2 (1/5 + .. ))), where the innermost bracket is from 0 to 2.
+func artanh(p, q uint64, limbs int) interval {
+	z, square, part := newInterval(limbs), newInterval(limbs), newInterval(limbs)
+	z.put(p, q)
+	square.put(p, q)
+	square.multiply(z)
+	sum := upToTwo(limbs)
+	for j := artanhTerms * limbs; j > 0; j-- {
+		part.put(1, uint64(2*j-1))
+		sum.multiply(square)
+		sum.add(part)
+	}
+	sum.multiply(z)
+	return sum
+}

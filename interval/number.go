@@ -1,7 +1,8 @@
-package expo
+package interval
 
 import (
 	"math/bits"
+	"slices"
 
 	"ratchet/api"
 )
@@ -33,7 +34,7 @@ func (n number) addLeast() {
 	}
 }
 
-func (n number) addOne() { n[len(n)-1]++ }
+func (n number) addWhole(whole uint64) { n[len(n)-1] += whole }
 
 // takeFromOne needs a number that is not above 1.
 func (n number) takeFromOne() {
@@ -41,7 +42,7 @@ func (n number) takeFromOne() {
 	for at := range n {
 		n[at], borrow = bits.Sub64(0, n[at], borrow)
 	}
-	n.addOne()
+	n.addWhole(1)
 }
 
 // multiply goes column by column, as it writes in n what it reads there: a column is written where no later one reads, even where o is n itself.
@@ -60,6 +61,38 @@ func (n number) multiply(o number) {
 			n[column-last] = low
 		}
 		low, middle, high = middle, high, 0
+	}
+}
+
+// share makes n / (whole + n) of n: bit by bit, as it is below 1.
+func (n number) share(whole uint64) {
+	rest, sum := slices.Clone(n), slices.Clone(n)
+	sum.addWhole(whole)
+	clear(n)
+	for range 64 * (len(n) - 1) {
+		n.add(n)
+		rest.add(rest)
+		if !rest.below(sum) {
+			rest.take(sum)
+			n.addLeast()
+		}
+	}
+}
+
+func (n number) below(o number) bool {
+	for at := len(n) - 1; at >= 0; at-- {
+		if n[at] != o[at] {
+			return n[at] < o[at]
+		}
+	}
+	return false
+}
+
+// take needs an o that is not above n.
+func (n number) take(o number) {
+	borrow := uint64(0)
+	for at := range n {
+		n[at], borrow = bits.Sub64(n[at], o[at], borrow)
 	}
 }
 

@@ -1,4 +1,4 @@
-package expo
+package interval
 
 import "math/bits"
 
@@ -26,12 +26,12 @@ func powerOf(a int64, f int) power {
 }
 
 // about halves the exponent x, and squares as often. In between e^x is 1 + x/1 (1 + x/2 (1 + x/3 ( .. ))), where the innermost bracket is from 0 to 2; so it is with -x.
-func (p power) about(limbs int) interval {
+func (p power) about(limbs int) Interval {
 	times := bits.Len64(p.size>>p.f) + halvings
 	sum, step := upToTwo(limbs), newInterval(limbs)
 	for j := powerTerms * limbs; j > 0; j-- {
 		step.put(p.size, uint64(j)<<(p.f+times))
-		sum.multiply(step)
+		sum.Multiply(step)
 		if p.below {
 			sum.takeFromOne()
 		} else {
@@ -39,7 +39,7 @@ func (p power) about(limbs int) interval {
 		}
 	}
 	for range times {
-		sum.multiply(sum)
+		sum.Multiply(sum)
 	}
 	return sum
 }
@@ -58,28 +58,29 @@ func logarithmOf(greater, lower int64) logarithm {
 }
 
 // about reckons by ln(p / q), which is twice artanh of (p - q) / (p + q), and so by a third for ln 2.
-func (l logarithm) about(limbs int) interval {
-	sum := artanh(l.above-l.below, l.above+l.below, limbs)
-	doubling, times := artanh(1, 3, limbs), newInterval(limbs)
+func (l logarithm) about(limbs int) Interval {
+	sum, doubling, times := newInterval(limbs), newInterval(limbs), newInterval(limbs)
+	sum.put(l.above-l.below, l.above+l.below)
+	sum.Artanh()
+	doubling.put(1, 3)
+	doubling.Artanh()
 	times.put(l.doublings, 1)
-	doubling.multiply(times)
-	sum.add(doubling)
-	sum.add(sum)
+	doubling.Multiply(times)
+	sum.Add(doubling)
+	sum.Add(sum)
 	return sum
 }
 
-// artanh of z, which is p / q and at most a third, is z (1 + z^2 (1/3 + z^2 (1/5 + .. ))), where the innermost bracket is from 0 to 2.
-func artanh(p, q uint64, limbs int) interval {
-	z, square, part := newInterval(limbs), newInterval(limbs), newInterval(limbs)
-	z.put(p, q)
-	square.put(p, q)
-	square.multiply(z)
-	sum := upToTwo(limbs)
+// Artanh makes artanh z of z, for a z that is a third at most, or just above it: z (1 + z^2 (1/3 + z^2 (1/5 + .. ))), where the innermost bracket is from 0 to 2.
+func (z Interval) Artanh() {
+	limbs := len(z.low) - 1
+	square, part, sum := newInterval(limbs), newInterval(limbs), upToTwo(limbs)
+	square.Add(z)
+	square.Multiply(z)
 	for j := artanhTerms * limbs; j > 0; j-- {
 		part.put(1, uint64(2*j-1))
-		sum.multiply(square)
-		sum.add(part)
+		sum.Multiply(square)
+		sum.Add(part)
 	}
-	sum.multiply(z)
-	return sum
+	z.Multiply(sum)
 }

@@ -8,23 +8,13 @@ import (
 
 	"ratchet/api"
 	"ratchet/curve"
+	"ratchet/mixer"
 )
 
 const (
 	most = 1<<47 - 1
 	prec = 320
 )
-
-// mixer is splitmix64: the same numbers in every run.
-type mixer uint64
-
-func (m *mixer) next() uint64 {
-	*m += 0x9e3779b97f4a7c15
-	z := uint64(*m)
-	z = (z ^ z>>30) * 0xbf58476d1ce4e5b9
-	z = (z ^ z>>27) * 0x94d049bb133111eb
-	return z ^ z>>31
-}
 
 func noWords() []int64 {
 	return []int64{-1 << 47, -1<<47 - 1, 1 << 47, 1<<47 + 1, 1 << 48, math.MaxInt64, math.MinInt64 + 1, math.MinInt64}
@@ -142,12 +132,12 @@ func near(f int) []int64 {
 			list = append(list, edge+off)
 		}
 	}
-	m := mixer(21)
+	m := mixer.Mixer(21)
 	for length := range f + 6 {
-		list = append(list, int64(1)<<length, int64(1)<<length|int64(m.next())&(1<<length-1))
+		list = append(list, int64(1)<<length, int64(1)<<length|int64(m.Next())&(1<<length-1))
 	}
 	for range 40 {
-		list = append(list, int64(m.next()%uint64(softplus)))
+		list = append(list, int64(m.Next()%uint64(softplus)))
 	}
 	for _, a := range list {
 		list = append(list, -a)
@@ -162,9 +152,9 @@ func words(f int) []int64 {
 	for _, a := range []int64{65 << f, 1 << 45, 1 << 46, most - 1<<f, most - 1, most} {
 		list = append(list, a, -a)
 	}
-	m := mixer(22)
+	m := mixer.Mixer(22)
 	for length := f + 6; length < api.Bits; length++ {
-		a := int64(1)<<length | int64(m.next())&(1<<length-1)
+		a := int64(1)<<length | int64(m.Next())&(1<<length-1)
 		list = append(list, a, -a)
 	}
 	slices.Sort(list)
@@ -302,10 +292,10 @@ func TestAtNought(t *testing.T) {
 func TestFarFromNought(t *testing.T) {
 	for f := api.MinF; f <= api.MaxF; f++ {
 		_, _, end := ends(f)
-		m := mixer(23)
+		m := mixer.Mixer(23)
 		list := []int64{end + 2, end + 1<<f, int64(f+1)<<f - 1, int64(f+1) << f, int64(f+1)<<f + 1, 64 << f, 1 << 46, most - 1, most}
 		for length := f + 6; length < api.Bits; length++ {
-			list = append(list, int64(1)<<length, int64(1)<<length|int64(m.next())&(1<<length-1))
+			list = append(list, int64(1)<<length, int64(1)<<length|int64(m.Next())&(1<<length-1))
 		}
 		for _, a := range list {
 			told(t, a, f, 1<<f, 1<<f, a, api.OK)

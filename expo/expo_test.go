@@ -9,23 +9,13 @@ import (
 	"ratchet/api"
 	"ratchet/expo"
 	"ratchet/fx"
+	"ratchet/mixer"
 )
 
 const (
 	most = 1<<47 - 1
 	prec = 320
 )
-
-// mixer is splitmix64: the same numbers in every run.
-type mixer uint64
-
-func (m *mixer) next() uint64 {
-	*m += 0x9e3779b97f4a7c15
-	z := uint64(*m)
-	z = (z ^ z>>30) * 0xbf58476d1ce4e5b9
-	z = (z ^ z>>27) * 0x94d049bb133111eb
-	return z ^ z>>31
-}
 
 func noWords() []int64 {
 	return []int64{-1 << 47, -1<<47 - 1, 1 << 47, 1<<47 + 1, 1 << 48, math.MaxInt64, math.MinInt64}
@@ -122,13 +112,13 @@ func exponents(f int) []int64 {
 			list = append(list, edge+off)
 		}
 	}
-	m := mixer(11)
+	m := mixer.Mixer(11)
 	for length := range api.Bits {
-		v := int64(1)<<length | int64(m.next())&(1<<length-1)
+		v := int64(1)<<length | int64(m.Next())&(1<<length-1)
 		list = append(list, v, -v)
 	}
 	for range 40 {
-		list = append(list, endOf(f)+int64(m.next()%uint64(topOf(f)-endOf(f))))
+		list = append(list, endOf(f)+int64(m.Next()%uint64(topOf(f)-endOf(f))))
 	}
 	list = slices.DeleteFunc(list, func(a int64) bool { return a < endOf(f)-3 || a > topOf(f)+3 })
 	slices.Sort(list)
@@ -141,11 +131,11 @@ func lengths(f int) []int64 {
 	for off := int64(-9); off <= 9; off++ {
 		list = append(list, 1<<f+off)
 	}
-	m := mixer(12)
+	m := mixer.Mixer(12)
 	for length := range api.Bits {
 		power := int64(1) << length
 		list = append(list, power, max(power-1, 1), min(power+1, most))
-		list = append(list, power|int64(m.next())&(power-1))
+		list = append(list, power|int64(m.Next())&(power-1))
 	}
 	slices.Sort(list)
 	return slices.Compact(list)
@@ -345,11 +335,11 @@ func TestLnOfExp(t *testing.T) {
 }
 
 func TestExpOfASum(t *testing.T) {
-	m := mixer(13)
+	m := mixer.Mixer(13)
 	for f := api.MinF; f <= api.MaxF; f++ {
 		for range 50 {
 			span := uint64(topOf(f))
-			a, b := int64(m.next()%span)-int64(span)/2, int64(m.next()%span)-int64(span)/2
+			a, b := int64(m.Next()%span)-int64(span)/2, int64(m.Next()%span)-int64(span)/2
 			whole, e := expo.Exp(a+b, f)
 			one, g := expo.Exp(a, f)
 			other, h := expo.Exp(b, f)

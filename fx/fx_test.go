@@ -9,27 +9,17 @@ import (
 
 	"ratchet/api"
 	"ratchet/fx"
+	"ratchet/mixer"
 	"ratchet/wide"
 )
 
 const most = 1<<47 - 1
 
-// mixer is splitmix64: the same numbers in every run.
-type mixer uint64
-
-func (m *mixer) next() uint64 {
-	*m += 0x9e3779b97f4a7c15
-	z := uint64(*m)
-	z = (z ^ z>>30) * 0xbf58476d1ce4e5b9
-	z = (z ^ z>>27) * 0x94d049bb133111eb
-	return z ^ z>>31
-}
-
 func words() []int64 {
 	list := []int64{-most, -most + 1, -1 << 46, -1<<46 + 1, -384, -256, -255, -3, -2, -1, 0, 1, 2, 3, 85, 255, 256, 257, 384, 768, 1 << 32, 1<<32 - 1, 1 << 46, 1<<46 - 1, most - 1, most}
-	m := mixer(3)
+	m := mixer.Mixer(3)
 	for length := 2; length <= 48; length++ {
-		v := int64(m.next()) >> (64 - length)
+		v := int64(m.Next()) >> (64 - length)
 		if v > -1<<47 {
 			list = append(list, v)
 		}
@@ -337,10 +327,10 @@ func texts() []string {
 			list = append(list, half, above, under, "-"+half, "-"+above, "-"+under)
 		}
 	}
-	m := mixer(4)
+	m := mixer.Mixer(4)
 	for range 400 {
-		text := strconv.FormatUint(m.next()%(1<<(m.next()%41)), 10) + "." + strconv.FormatUint(m.next(), 10)
-		list = append(list, text, "-"+text+strconv.FormatUint(m.next(), 10))
+		text := strconv.FormatUint(m.Next()%(1<<(m.Next()%41)), 10) + "." + strconv.FormatUint(m.Next(), 10)
+		list = append(list, text, "-"+text+strconv.FormatUint(m.Next(), 10))
 	}
 	return list
 }

@@ -8,36 +8,26 @@ import (
 	"testing"
 
 	"ratchet/api"
+	"ratchet/mixer"
 	"ratchet/root"
 )
 
 const most = 1<<47 - 1
 
-// mixer is splitmix64: the same numbers in every run.
-type mixer uint64
-
-func (m *mixer) next() uint64 {
-	*m += 0x9e3779b97f4a7c15
-	z := uint64(*m)
-	z = (z ^ z>>30) * 0xbf58476d1ce4e5b9
-	z = (z ^ z>>27) * 0x94d049bb133111eb
-	return z ^ z>>31
-}
-
 // words are the words that are not below 0: edges, squares and what lies about them, and words of all lengths, in order.
 func words() []int64 {
 	list := []int64{0, most - 1, most}
-	m := mixer(5)
+	m := mixer.Mixer(5)
 	for length := 1; length <= 47; length++ {
 		power := int64(1) << (length - 1)
 		list = append(list, power-1, power, min(power+1, most))
 		for range 20 {
-			list = append(list, power|int64(m.next())&(power-1))
+			list = append(list, power|int64(m.Next())&(power-1))
 		}
 	}
 	for range 500 {
-		side := int64(m.next() % 11863283) // the greatest root of a word is one less
-		side >>= m.next() % 23
+		side := int64(m.Next() % 11863283) // the greatest root of a word is one less
+		side >>= m.Next() % 23
 		square := side * side
 		list = append(list, max(square-1, 0), square, square+1, side*(side+1), side*(side+1)+1)
 	}
@@ -114,10 +104,10 @@ func TestSmallWordsOneByOne(t *testing.T) {
 
 // Where a 2^f is about k (k + 1), the root is about a half above k.
 func TestSqrtAboutHalves(t *testing.T) {
-	m := mixer(6)
+	m := mixer.Mixer(6)
 	for f := api.MinF; f <= api.MaxF; f++ {
 		for range 300 {
-			k := int64(m.next() % (1 << 39) >> (m.next() % 39))
+			k := int64(m.Next() % (1 << 39) >> (m.Next() % 39))
 			near := new(big.Int).Mul(big.NewInt(k), big.NewInt(k+1))
 			near.Rsh(near, uint(f))
 			if near.Cmp(big.NewInt(most)) >= 0 {
@@ -134,10 +124,10 @@ func TestSqrtAboutHalves(t *testing.T) {
 
 // 2^(3 f) / a is (k + 1/2)^2 where a is 2^(3 f + 2) over an odd square: as near to that as words come.
 func TestRsqrtAboutHalves(t *testing.T) {
-	m := mixer(7)
+	m := mixer.Mixer(7)
 	for f := api.MinF; f <= api.MaxF; f++ {
 		for range 300 {
-			odd := big.NewInt(int64(m.next()%(1<<48)>>(m.next()%48)) | 1)
+			odd := big.NewInt(int64(m.Next()%(1<<48)>>(m.Next()%48)) | 1)
 			near := new(big.Int).Div(power(3*f+2), odd.Mul(odd, odd))
 			for _, off := range []int64{-1, 0, 1} {
 				a := new(big.Int).Add(near, big.NewInt(off))
@@ -248,10 +238,10 @@ func TestGreaterWords(t *testing.T) {
 }
 
 func TestRootsOfFourTimes(t *testing.T) {
-	m := mixer(8)
+	m := mixer.Mixer(8)
 	for range 2000 {
-		f := 8 + int(m.next()%25)
-		r := int64(m.next()%(1<<24)>>(m.next()%24)) << (f / 2)
+		f := 8 + int(m.Next()%25)
+		r := int64(m.Next()%(1<<24)>>(m.Next()%24)) << (f / 2)
 		// The root is r just if its square over 2^f is a word.
 		square := new(big.Int).Mul(big.NewInt(r), big.NewInt(r))
 		a, rest := new(big.Int).DivMod(square, power(f), new(big.Int))

@@ -6,6 +6,7 @@ import (
 	"testing"
 
 	"ratchet/api"
+	"ratchet/mixer"
 	"ratchet/wide"
 )
 
@@ -47,17 +48,6 @@ func bigRound(n, d *big.Int) *big.Int {
 	return quotient
 }
 
-// mixer is splitmix64: the same numbers in every run.
-type mixer uint64
-
-func (m *mixer) next() uint64 {
-	*m += 0x9e3779b97f4a7c15
-	z := uint64(*m)
-	z = (z ^ z>>30) * 0xbf58476d1ce4e5b9
-	z = (z ^ z>>27) * 0x94d049bb133111eb
-	return z ^ z>>31
-}
-
 func edges() []api.Wide {
 	list := []api.Wide{least, greatest, {Hi: math.MinInt64, Lo: 1}, {Hi: math.MaxInt64, Lo: math.MaxUint64 - 1}}
 	for n := int64(-7); n <= 7; n++ {
@@ -83,11 +73,11 @@ func edges() []api.Wide {
 // samples are the edges, and numbers of all lengths.
 func samples() []api.Wide {
 	list := edges()
-	m := mixer(1)
+	m := mixer.Mixer(1)
 	for length := uint(1); length <= 127; length++ {
-		b := bigOf(api.Wide{Hi: int64(m.next() >> 1), Lo: m.next()})
+		b := bigOf(api.Wide{Hi: int64(m.Next() >> 1), Lo: m.Next()})
 		b.Rsh(b, 127-length)
-		if m.next()%2 == 1 {
+		if m.Next()%2 == 1 {
 			b.Neg(b)
 		}
 		w, _ := wideOf(b)
@@ -98,9 +88,9 @@ func samples() []api.Wide {
 
 func words() []int64 {
 	list := []int64{math.MinInt64, math.MinInt64 + 1, -1 << 47, -1<<32 - 1, -1 << 32, -3, -2, -1, 0, 1, 2, 3, 10, 1<<32 - 1, 1 << 32, 1<<47 - 1, math.MaxInt64 - 1, math.MaxInt64}
-	m := mixer(2)
+	m := mixer.Mixer(2)
 	for length := 1; length <= 64; length++ {
-		list = append(list, int64(m.next())>>(64-length))
+		list = append(list, int64(m.Next())>>(64-length))
 	}
 	return list
 }
@@ -255,11 +245,11 @@ func TestRoundHalvesToEven(t *testing.T) {
 		got, e := wide.Round(wide.From(c.n), wide.From(c.d))
 		holds(t, "Round", got, e, big.NewInt(c.want))
 	}
-	m := mixer(3)
+	m := mixer.Mixer(3)
 	for range 2000 {
 		// (2 k + 1) h over 2 h lies just between k and k + 1; one beside it does not.
-		h := int64(m.next()>>2) >> (m.next() % 60)
-		k := int64(m.next()>>2) >> (m.next() % 60)
+		h := int64(m.Next()>>2) >> (m.Next() % 60)
+		k := int64(m.Next()>>2) >> (m.Next() % 60)
 		if h == 0 {
 			h = 1
 		}

@@ -622,6 +622,112 @@ func TestLayOfNoTensorsComesAheadOfShapes(t *testing.T) {
 	layIs(t, of([]int{1 << 32, 1 << 32}, []int{0, 0}, 0), api.Tensor{Shape: []int{1 << 32, 1 << 32}}, data, nil, api.ErrForm)
 }
 
+// P7.3 with P2.1: what is handed in as words are words, all of it, whatever the view sees of it.
+
+// edges are the words that are furthest from 0.
+func edges() []int64 { return []int64{1<<47 - 1, -1<<47 + 1} }
+
+func noWords() []int64 {
+	return []int64{1 << 47, -1 << 47, 1<<47 + 1, -1<<47 - 1, 1 << 48, 1 << 62, math.MaxInt64, math.MinInt64}
+}
+
+// someOf are the first, the last and a few more of the numbers from 0 to below n.
+func someOf(n int) []int {
+	list := []int{0, n / 3, n / 2, n - 1}
+	return slices.Compact(list)
+}
+
+func with(data []int64, at int, x int64) []int64 {
+	list := slices.Clone(data)
+	list[at] = x
+	return list
+}
+
+// smallViews are those that stand within few words, and how many that is.
+func smallViews() ([]api.View, int) {
+	const few = 200
+	return slices.DeleteFunc(views(), func(v api.View) bool { return slices.Max(placesOf(v)) >= few }), few
+}
+
+func TestCopyOfWordsAlone(t *testing.T) {
+	list, few := smallViews()
+	for _, v := range list {
+		for _, n := range []int{slices.Max(placesOf(v)) + 1, few} {
+			for _, at := range append(someOf(n), placesOf(v)[0]) {
+				for _, x := range edges() {
+					data := with(words(n), at, x)
+					copyIs(t, v, data, copied(v, data), api.OK)
+				}
+				for _, x := range noWords() {
+					copyIs(t, v, with(words(n), at, x), api.Tensor{}, api.ErrForm)
+				}
+			}
+		}
+	}
+	copyIs(t, of([]int{2}, []int{1}, 0), []int64{noWords()[0], noWords()[1]}, api.Tensor{}, api.ErrForm)
+	copyIs(t, of(nil, nil, most-1), with(words(most), 0, 1<<47), api.Tensor{}, api.ErrForm)
+}
+
+func TestLayOfWordsAlone(t *testing.T) {
+	list, few := smallViews()
+	for _, v := range list {
+		if meetsItself(v) {
+			continue
+		}
+		from := copied(v, words(few))
+		for _, at := range someOf(len(from.Data)) {
+			for _, x := range edges() {
+				want := words(few)
+				want[placesOf(v)[at]] = x
+				layIs(t, v, api.Tensor{Shape: v.Shape, Data: with(from.Data, at, x)}, words(few), want, api.OK)
+			}
+			for _, x := range noWords() {
+				layIs(t, v, api.Tensor{Shape: v.Shape, Data: with(from.Data, at, x)}, words(few), nil, api.ErrForm)
+			}
+		}
+	}
+}
+
+func TestLayOnWordsAlone(t *testing.T) {
+	list, few := smallViews()
+	for _, v := range list {
+		if meetsItself(v) {
+			continue
+		}
+		from := copied(v, words(few))
+		for _, at := range append(someOf(few), placesOf(v)[0]) { // what would be laid over is handed in, too
+			for _, x := range edges() {
+				data := with(words(few), at, x)
+				want := slices.Clone(data)
+				for k, place := range placesOf(v) {
+					want[place] = from.Data[k]
+				}
+				layIs(t, v, from, data, want, api.OK)
+			}
+			for _, x := range noWords() {
+				layIs(t, v, from, with(words(few), at, x), nil, api.ErrForm)
+			}
+		}
+	}
+}
+
+func TestNoWordsComeAheadOfShapes(t *testing.T) {
+	data := words(6)
+	for _, x := range noWords() {
+		for _, v := range []api.View{of([]int{2, 3}, []int{3, 1}, 0), of([]int{6}, []int{0}, 5), of([]int{2}, []int{0}, 1), of([]int{1, 1, 1}, []int{0, 0, 0}, 0), {}} { // some of which meet themselves
+			for _, s := range [][]int{nil, {1}, {6}, {3, 2}, {1, 1, 1, 1}, v.Shape} {
+				count, _ := shape.Count(s)
+				good := api.Tensor{Shape: s, Data: words(count)}
+				bad := api.Tensor{Shape: s, Data: with(good.Data, count-1, x)}
+				layIs(t, v, bad, data, nil, api.ErrForm)
+				layIs(t, v, bad, with(data, 5, x), nil, api.ErrForm)
+				layIs(t, v, good, with(data, 0, x), nil, api.ErrForm)
+				layIs(t, v, good, with(data, 5, x), nil, api.ErrForm)
+			}
+		}
+	}
+}
+
 // R2: what was handed in stays, what was told may be written to.
 
 func fill(list []int, x int) {

@@ -11,23 +11,14 @@ import (
 	"ratchet/expo"
 	"ratchet/fx"
 	"ratchet/mixer"
+	"ratchet/sample"
 	"ratchet/shape"
 	"ratchet/view"
 )
 
-const most = 1<<47 - 1 // the greatest word
+const most = sample.Most
 
-func of(s []int, data ...int64) api.Tensor { return api.Tensor{Shape: s, Data: data} }
-
-func row(data ...int64) api.Tensor { return of([]int{len(data)}, data...) }
-
-func edges() []int64 {
-	return []int64{-most, -most + 1, -1 << 46, -1 << 40, -25600, -384, -256, -129, -128, -2, -1, 0, 1, 2, 127, 128, 255, 256, 257, 384, 768, 1 << 20, 1 << 40, 1 << 46, most - 1, most}
-}
-
-func noWords() []int64 {
-	return []int64{1 << 47, -1 << 47, 1<<47 + 1, -1<<47 - 1, math.MaxInt64, math.MinInt64}
-}
+var of, row = sample.Of, sample.Row
 
 func counts() []int { return []int{8, 9, 16, 24, 31, 32} }
 
@@ -51,72 +42,9 @@ func allOps() []int {
 // takesWord is whether op has a word beside it.
 func takesWord(op int) bool { return op == api.OpScale || op == api.OpLeaky }
 
-func shapes() [][]int {
-	return [][]int{nil, {}, {1}, {2}, {5}, {1, 1}, {2, 3}, {3, 1}, {1, 3}, {2, 3, 4}, {2, 1, 4}, {1, 1, 1, 1}, {2, 3, 1, 2}, {1, 2, 3, 1}, {4096}, {1, 4096}, {16, 1, 16, 16}}
-}
-
-func noShapes() [][]int {
-	return [][]int{{0}, {-1}, {4097}, {math.MaxInt}, {math.MinInt}, {2, 0}, {0, 2}, {-1, -1}, {-2, -3}, {4096, 17}, {257, 256}, {4096, 4096, 4096, 4096}, {1 << 32, 1 << 32}, {1, 1, 1, 1, 1}, {2, 1, 1, 1, 1, 1}}
-}
-
-func countOf(s []int) int {
-	n := 1
-	for _, d := range s {
-		n *= d
-	}
-	return n
-}
-
-// words are n of them, of up to so many bits.
-func words(m *mixer.Mixer, n, bits int) []int64 {
-	list := make([]int64, n)
-	for k := range list {
-		list[k] = int64(m.Next()) >> (63 - m.Below(bits+1))
-		if list[k] == -1<<47 {
-			list[k]++
-		}
-	}
-	return list
-}
-
-func tensor(m *mixer.Mixer, s []int, bits int) api.Tensor {
-	return api.Tensor{Shape: s, Data: words(m, countOf(s), bits)}
-}
-
-// noTensors are tensors but for one thing, shapes, how many words, or a word that is none.
-func noTensors() []api.Tensor {
-	var list []api.Tensor
-	for _, s := range noShapes() {
-		list = append(list, api.Tensor{Shape: s}, of(s, 1), of(s, 1, 2), api.Tensor{Shape: s, Data: make([]int64, 65536)})
-		if n := countOf(s); n >= 0 && n < 1<<20 {
-			list = append(list, api.Tensor{Shape: s, Data: make([]int64, n)})
-		}
-	}
-	for _, s := range shapes() {
-		n := countOf(s)
-		for _, other := range []int{0, n - 1, n + 1, 2 * n} {
-			list = append(list, api.Tensor{Shape: s, Data: make([]int64, other)})
-		}
-		for _, x := range noWords() {
-			for _, at := range []int{0, n / 2, n - 1} {
-				data := make([]int64, n)
-				data[at] = x
-				list = append(list, api.Tensor{Shape: s, Data: data})
-			}
-		}
-	}
-	return list
-}
-
-func same(a, b api.Tensor) bool {
-	return slices.Equal(a.Shape, b.Shape) && slices.Equal(a.Data, b.Data)
-}
-
-func isZero(t api.Tensor) bool { return t.Shape == nil && t.Data == nil }
-
 func held(t *testing.T, what string, got api.Tensor, e api.Errno, want api.Tensor, wantE api.Errno) {
 	t.Helper()
-	if e != wantE || !same(got, want) || e != api.OK && !isZero(got) {
+	if e != wantE || !sample.Same(got, want) || e != api.OK && !sample.IsZero(got) {
 		t.Errorf("%s: %v, %v; want %v, %v", what, got, e, want, wantE)
 	}
 }
@@ -124,7 +52,7 @@ func held(t *testing.T, what string, got api.Tensor, e api.Errno, want api.Tenso
 func twoIs(t *testing.T, op int, a, b api.Tensor, f int, want api.Tensor, wantE api.Errno) {
 	t.Helper()
 	got, e := elem.Two(op, a, b, f)
-	if e != wantE || !same(got, want) || e != api.OK && !isZero(got) {
+	if e != wantE || !sample.Same(got, want) || e != api.OK && !sample.IsZero(got) {
 		t.Errorf("Two(%d, %v, %v, %d): %v, %v; want %v, %v", op, a, b, f, got, e, want, wantE)
 	}
 }
@@ -132,7 +60,7 @@ func twoIs(t *testing.T, op int, a, b api.Tensor, f int, want api.Tensor, wantE 
 func oneIs(t *testing.T, op int, a api.Tensor, w int64, f int, want api.Tensor, wantE api.Errno) {
 	t.Helper()
 	got, e := elem.One(op, a, w, f)
-	if e != wantE || !same(got, want) || e != api.OK && !isZero(got) {
+	if e != wantE || !sample.Same(got, want) || e != api.OK && !sample.IsZero(got) {
 		t.Errorf("One(%d, %v, %d, %d): %v, %v; want %v, %v", op, a, w, f, got, e, want, wantE)
 	}
 }
@@ -146,13 +74,13 @@ func none(t *testing.T, what string, got api.Tensor, e api.Errno, want api.Errno
 
 func TestCheckOfTensors(t *testing.T) {
 	m := mixer.Mixer(81)
-	for _, s := range append(shapes(), []int{4096, 16}, []int{16, 16, 16, 16}) {
-		one := tensor(&m, s, 47)
+	for _, s := range append(sample.Shapes(), []int{4096, 16}, []int{16, 16, 16, 16}) {
+		one := sample.Tensor(&m, s, 47)
 		if e := elem.Check(one); e != api.OK {
 			t.Errorf("of shape %v: %v", s, e)
 		}
 		for _, at := range []int{0, len(one.Data) / 2, len(one.Data) - 1} {
-			for _, v := range edges() {
+			for _, v := range sample.Edges() {
 				one.Data[at] = v
 				if e := elem.Check(one); e != api.OK {
 					t.Errorf("of shape %v with %d at %d: %v", s, v, at, e)
@@ -169,7 +97,7 @@ func TestCheckOfTensors(t *testing.T) {
 }
 
 func TestCheckOfNoTensors(t *testing.T) {
-	for _, one := range noTensors() {
+	for _, one := range sample.NoTensors() {
 		if e := elem.Check(one); e != api.ErrForm {
 			t.Errorf("of shape %v, %d words: %v", one.Shape, len(one.Data), e)
 		}
@@ -180,7 +108,7 @@ func TestCheckOfNoTensors(t *testing.T) {
 }
 
 func TestNoTensorsAreToldFirst(t *testing.T) {
-	for _, bad := range noTensors() {
+	for _, bad := range sample.NoTensors() {
 		for _, good := range []api.Tensor{of(nil, 0), row(1, 2, 3), of([]int{4096, 1, 1, 1}, make([]int64, 4096)...)} { // behind it there is a division by 0, or what does not spread
 			for _, op := range []int{api.OpDiv, api.OpAdd, api.OpMul, api.OpNone, api.OpNeg} {
 				got, e := elem.Two(op, bad, good, 8)
@@ -230,7 +158,7 @@ func under(s, t []int, n int) int {
 // spreadOf tells two tensors by the chapter's words, once their common shape is known.
 func spreadOf(op int, a, b api.Tensor, f int, both []int) (api.Tensor, api.Errno) {
 	want := api.Tensor{Shape: both}
-	for n := range countOf(both) {
+	for n := range sample.Count(both) {
 		v, e := twoOf(op, a.Data[under(a.Shape, both, n)], b.Data[under(b.Shape, both, n)], f)
 		if e != api.OK {
 			return api.Tensor{}, e
@@ -254,8 +182,8 @@ func TestEachOperationOfTwo(t *testing.T) {
 func TestTwoOfAllWords(t *testing.T) {
 	for _, f := range counts() {
 		for _, op := range opsOfTwo() {
-			for _, x := range edges() {
-				for _, y := range edges() {
+			for _, x := range sample.Edges() {
+				for _, y := range sample.Edges() {
 					v, e := twoOf(op, x, y, f)
 					if e != api.OK {
 						twoIs(t, op, of(nil, x), of(nil, y), f, api.Tensor{}, e)
@@ -280,7 +208,7 @@ func TestTwoOfTensorsThatSpread(t *testing.T) {
 		{[]int{4096, 1}, []int{16}, []int{4096, 16}}, {[]int{256, 256}, []int{256}, []int{256, 256}}, {nil, []int{4096}, []int{4096}},
 	} {
 		for _, op := range opsOfTwo() {
-			a, b := tensor(&m, c.a, 30), tensor(&m, c.b, 30)
+			a, b := sample.Tensor(&m, c.a, 30), sample.Tensor(&m, c.b, 30)
 			for _, list := range [][]int64{a.Data, b.Data} {
 				for k := range list {
 					list[k] += 1 << 31 // none is 0
@@ -305,7 +233,7 @@ func TestSpreadsErrors(t *testing.T) {
 		{[]int{2}, []int{3}, api.ErrShape}, {[]int{2, 3}, []int{2}, api.ErrShape}, {[]int{2, 3}, []int{3, 2}, api.ErrShape}, {[]int{2, 3, 4}, []int{3, 3, 4}, api.ErrShape}, {[]int{6}, []int{2, 3}, api.ErrShape}, {[]int{4, 1}, []int{3, 1}, api.ErrShape}, {[]int{2, 1, 1, 1}, []int{3, 1, 1, 1}, api.ErrShape}, {[]int{4096, 1, 2}, []int{4096, 3}, api.ErrShape},
 		{[]int{4096, 1}, []int{17}, api.ErrBudget}, {[]int{4096, 1}, []int{4096}, api.ErrBudget}, {[]int{257, 1}, []int{1, 256}, api.ErrBudget}, {[]int{4096, 16}, []int{2, 1, 1}, api.ErrBudget}, {[]int{16, 1, 16, 1}, []int{16, 1, 17}, api.ErrBudget},
 	} {
-		a, b := api.Tensor{Shape: c.a, Data: make([]int64, countOf(c.a))}, api.Tensor{Shape: c.b, Data: make([]int64, countOf(c.b))}
+		a, b := api.Tensor{Shape: c.a, Data: make([]int64, sample.Count(c.a))}, api.Tensor{Shape: c.b, Data: make([]int64, sample.Count(c.b))}
 		for _, op := range opsOfTwo() { // OpDiv: by 0 alone
 			got, e := elem.Two(op, a, b, 8)
 			none(t, "Two", got, e, c.want)
@@ -394,7 +322,7 @@ func TestSumsAndProductsThatAreNoWords(t *testing.T) {
 	} {
 		for _, s := range [][]int{nil, {1}, {4}, {2, 3}} { // the last word of all
 			a, b := api.Tensor{Shape: s}, api.Tensor{Shape: s}
-			for range countOf(s) {
+			for range sample.Count(s) {
 				a.Data, b.Data = append(a.Data, 1), append(b.Data, 256)
 			}
 			a.Data[len(a.Data)-1], b.Data[len(b.Data)-1] = c.x, c.y
@@ -457,7 +385,7 @@ func TestEachOperationOfOne(t *testing.T) {
 // wordsBeside are those that op is asked with.
 func wordsBeside(op int) []int64 {
 	if takesWord(op) {
-		return append(edges(), 26, -26)
+		return append(sample.Edges(), 26, -26)
 	}
 	return []int64{0}
 }
@@ -466,7 +394,7 @@ func TestOneOfAllWords(t *testing.T) {
 	for _, f := range counts() {
 		for _, op := range opsOfOne() {
 			for _, w := range wordsBeside(op) {
-				for _, x := range edges() {
+				for _, x := range sample.Edges() {
 					v, e := oneOf(op, x, w, f)
 					if e != api.OK {
 						oneIs(t, op, of(nil, x), w, f, api.Tensor{}, e)
@@ -482,9 +410,9 @@ func TestOneOfAllWords(t *testing.T) {
 
 func TestOneOfAllShapes(t *testing.T) {
 	m := mixer.Mixer(83)
-	for _, s := range shapes() {
+	for _, s := range sample.Shapes() {
 		for _, op := range opsOfOne() {
-			a := tensor(&m, s, 18)
+			a := sample.Tensor(&m, s, 18)
 			if op == api.OpLn {
 				for k := range a.Data {
 					a.Data[k] = max(a.Data[k], -a.Data[k], 1)
@@ -492,7 +420,7 @@ func TestOneOfAllShapes(t *testing.T) {
 			}
 			w := int64(0)
 			if takesWord(op) {
-				w = words(&m, 1, 20)[0]
+				w = sample.Words(&m, 1, 20)[0]
 			}
 			want := api.Tensor{Shape: s}
 			for _, x := range a.Data {
@@ -547,11 +475,11 @@ func TestOneByNoOperation(t *testing.T) {
 
 func TestWordsBesideThatAreNone(t *testing.T) {
 	for _, op := range opsOfOne() {
-		for _, w := range noWords() {
+		for _, w := range sample.NoWords() {
 			oneIs(t, op, row(1, 256), w, 8, api.Tensor{}, api.ErrForm)
 			oneIs(t, op, row(0), w, 8, api.Tensor{}, api.ErrForm) // ErrZero of Ln comes behind
 		}
-		for _, w := range edges() {
+		for _, w := range sample.Edges() {
 			if takesWord(op) || w == 0 {
 				continue
 			}
@@ -585,27 +513,9 @@ func TestExample(t *testing.T) {
 
 // R2: what was handed in stays, what was told may be written to.
 
-// roomy is a tensor whose lists have room to spare.
-func roomy(s []int, data []int64) api.Tensor {
-	return api.Tensor{Shape: append(s, 91, 92)[:len(s)], Data: append(data, 93, 94)[:len(data)]}
-}
-
-func asHandedIn(t api.Tensor, s []int, data []int64) bool {
-	return slices.Equal(t.Shape[:len(s)+2], append(slices.Clone(s), 91, 92)) && slices.Equal(t.Data[:len(data)+2], append(slices.Clone(data), 93, 94))
-}
-
-func spoil(t api.Tensor) {
-	for k := range t.Shape[:cap(t.Shape)] {
-		t.Shape[:cap(t.Shape)][k] = -7
-	}
-	for k := range t.Data[:cap(t.Data)] {
-		t.Data[:cap(t.Data)][k] = -8
-	}
-}
-
 func TestArgumentsStayAndAnswersAreNew(t *testing.T) {
 	s, data, other := []int{2, 3}, []int64{256, 512, 1, 700, 3, 2}, []int64{3, 1, 256}
-	a, b, scaled := roomy([]int{2, 3}, slices.Clone(data)), roomy([]int{3}, slices.Clone(other)), roomy(nil, []int64{256})
+	a, b, scaled := sample.Roomy([]int{2, 3}, data), sample.Roomy([]int{3}, other), sample.Roomy(nil, []int64{256})
 	calls := []func() (api.Tensor, api.Errno){
 		func() (api.Tensor, api.Errno) { return elem.Two(api.OpMul, a, scaled, 8) }, // by 1
 		func() (api.Tensor, api.Errno) { return elem.Two(api.OpMul, scaled, a, 8) },
@@ -624,16 +534,16 @@ func TestArgumentsStayAndAnswersAreNew(t *testing.T) {
 	for k, call := range calls {
 		first, e := call()
 		second, _ := call()
-		if e != api.OK || !same(first, second) || !slices.Equal(first.Shape, s) {
+		if e != api.OK || !sample.Same(first, second) || !slices.Equal(first.Shape, s) {
 			t.Errorf("call %d: %v, %v, %v", k, first, second, e)
 		}
 		before := api.Tensor{Shape: slices.Clone(second.Shape), Data: slices.Clone(second.Data)}
-		spoil(first)
+		sample.Spoil(first)
 		third, _ := call()
-		if !same(second, before) || !same(third, before) {
+		if !sample.Same(second, before) || !sample.Same(third, before) {
 			t.Errorf("call %d shares: %v, %v; want %v", k, second, third, before)
 		}
-		if !asHandedIn(a, s, data) || !asHandedIn(b, []int{3}, other) || !asHandedIn(scaled, nil, []int64{256}) {
+		if !sample.AsHandedIn(a, s, data) || !sample.AsHandedIn(b, []int{3}, other) || !sample.AsHandedIn(scaled, nil, []int64{256}) {
 			t.Errorf("call %d changed: %v, %v, %v", k, a, b, scaled)
 		}
 	}
@@ -641,13 +551,13 @@ func TestArgumentsStayAndAnswersAreNew(t *testing.T) {
 
 func TestArgumentsStayBesideErrors(t *testing.T) {
 	data := []int64{256, 0, most}
-	a := roomy([]int{3}, slices.Clone(data))
+	a := sample.Roomy([]int{3}, data)
 	for _, op := range allOps() {
 		elem.Two(op, a, a, 8)
 		elem.Two(op, a, row(1, 2), 8)
 		elem.One(op, a, 0, 8)
 		elem.One(op, a, most, 8)
-		if !asHandedIn(a, []int{3}, data) {
+		if !sample.AsHandedIn(a, []int{3}, data) {
 			t.Fatalf("%d changed: %v", op, a)
 		}
 	}
@@ -684,7 +594,7 @@ func widened(t *testing.T, a api.Tensor, s []int) api.Tensor {
 
 func TestSpreadByHandIsTheSame(t *testing.T) {
 	m := mixer.Mixer(84)
-	list := slices.DeleteFunc(shapes(), func(s []int) bool { return countOf(s) > 1000 })
+	list := slices.DeleteFunc(sample.Shapes(), func(s []int) bool { return sample.Count(s) > 1000 })
 	for _, s := range list {
 		for _, u := range list {
 			both, e := shape.Spread(s, u)
@@ -693,7 +603,7 @@ func TestSpreadByHandIsTheSame(t *testing.T) {
 			}
 			for _, op := range opsOfTwo() {
 				for _, bits := range []int{20, 40, 47} { // some have errors
-					a, b := tensor(&m, s, bits), tensor(&m, u, bits)
+					a, b := sample.Tensor(&m, s, bits), sample.Tensor(&m, u, bits)
 					want, wantE := elem.Two(op, a, b, 16)
 					if wantE == api.OK && !slices.Equal(want.Shape, both) {
 						t.Errorf("%v and %v: %v", s, u, want.Shape)
@@ -709,14 +619,14 @@ func TestSpreadByHandIsTheSame(t *testing.T) {
 
 func TestSumsAndProductsGoBothWays(t *testing.T) {
 	m := mixer.Mixer(85)
-	list := shapes()
+	list := sample.Shapes()
 	for range 4000 {
 		s, u := list[m.Below(len(list))], list[m.Below(len(list))]
-		if countOf(s)*countOf(u) > 5000 {
+		if sample.Count(s)*sample.Count(u) > 5000 {
 			continue
 		}
 		bits := 20 + m.Below(28)
-		a, b := tensor(&m, s, bits), tensor(&m, u, bits)
+		a, b := sample.Tensor(&m, s, bits), sample.Tensor(&m, u, bits)
 		for _, op := range []int{api.OpAdd, api.OpMul} {
 			there, thereE := elem.Two(op, a, b, 20)
 			twoIs(t, op, b, a, 20, there, thereE)
@@ -726,9 +636,9 @@ func TestSumsAndProductsGoBothWays(t *testing.T) {
 
 func TestScaleIsTheProductWithOneWord(t *testing.T) {
 	m := mixer.Mixer(86)
-	for _, s := range shapes() {
+	for _, s := range sample.Shapes() {
 		for _, bits := range []int{10, 30, 47} {
-			a, w := tensor(&m, s, bits), words(&m, 1, bits)[0]
+			a, w := sample.Tensor(&m, s, bits), sample.Words(&m, 1, bits)[0]
 			want, wantE := elem.Two(api.OpMul, a, of(nil, w), 12)
 			oneIs(t, api.OpScale, a, w, 12, want, wantE)
 		}

@@ -1,0 +1,858 @@
+package conv_test
+
+import (
+	"math"
+	"math/big"
+	"slices"
+	"testing"
+
+	"ratchet/api"
+	"ratchet/conv"
+	"ratchet/matmul"
+	"ratchet/mixer"
+	"ratchet/sample"
+)
+
+const most = sample.Most
+
+var of = sample.Of
+
+func noCounts() []int { return []int{7, 33, 0, -1, 64, math.MinInt, math.MaxInt} }
+
+func convIs(t *testing.T, x, w api.Tensor, c api.Conv, f int, want api.Tensor, wantE api.Errno) {
+	t.Helper()
+	got, e := conv.Conv(x, w, c, f)
+	if e != wantE || !sample.Same(got, want) || e != api.OK && !sample.IsZero(got) {
+		t.Errorf("Conv(%v, %v, %v, %d): %v, %v; want %v, %v", x, w, c, f, got, e, want, wantE)
+	}
+}
+
+func colsIs(t *testing.T, x api.Tensor, k []int, c api.Conv, want api.Tensor, wantE api.Errno) {
+	t.Helper()
+	got, e := conv.Cols(x, k, c)
+	if e != wantE || !sample.Same(got, want) || e != api.OK && !sample.IsZero(got) {
+		t.Errorf("Cols(%v, %v, %v): %v, %v; want %v, %v", x, k, c, got, e, want, wantE)
+	}
+}
+
+func backIs(t *testing.T, from api.Tensor, s, k []int, c api.Conv, want api.Tensor, wantE api.Errno) {
+	t.Helper()
+	got, e := conv.Back(from, s, k, c)
+	if e != wantE || !sample.Same(got, want) || e != api.OK && !sample.IsZero(got) {
+		t.Errorf("Back(%v, %v, %v, %v): %v, %v; want %v, %v", from, s, k, c, got, e, want, wantE)
+	}
+}
+
+// line is the numbers of one spatial dimension.
+func line(stride, pad, dilation int) api.Conv {
+	return api.Conv{Stride: []int{stride}, Pad: []int{pad}, Dilation: []int{dilation}}
+}
+
+// plane is those of two, the same ones.
+func plane(stride, pad, dilation int) api.Conv {
+	return api.Conv{Stride: []int{stride, stride}, Pad: []int{pad, pad}, Dilation: []int{dilation, dilation}}
+}
+
+func planeOf(stride, pad, dilation []int) api.Conv {
+	return api.Conv{Stride: stride, Pad: pad, Dilation: dilation}
+}
+
+// A going is a shape that a kernel goes over.
+type going struct {
+	x, w []int
+	c    api.Conv
+}
+
+func goings() []going { return append(lines(), planes()...) }
+
+func lines() []going {
+	return []going{
+		{[]int{1, 1, 4}, []int{1, 1, 2}, line(1, 0, 1)}, {[]int{1, 1, 4}, []int{1, 1, 2}, line(1, 1, 1)}, {[]int{1, 1, 4}, []int{1, 1, 2}, line(2, 0, 1)},
+		{[]int{1, 2, 4}, []int{1, 2, 3}, line(1, 1, 1)}, {[]int{1, 1, 4}, []int{3, 1, 3}, line(1, 1, 1)}, {[]int{3, 1, 4}, []int{1, 1, 3}, line(1, 1, 1)}, {[]int{2, 3, 5}, []int{4, 3, 2}, line(1, 0, 1)}, {[]int{3, 2, 5}, []int{2, 2, 3}, line(2, 2, 1)}, // channels, kernels, examples
+		{[]int{1, 1, 5}, []int{1, 1, 1}, line(1, 0, 1)}, {[]int{2, 3, 5}, []int{2, 3, 1}, line(1, 2, 1)}, {[]int{1, 1, 1}, []int{1, 1, 1}, line(1, 0, 1)}, {[]int{2, 2, 4}, []int{3, 2, 1}, line(3, 1, 7)}, // of one tap
+		{[]int{1, 1, 4}, []int{1, 1, 4}, line(1, 0, 1)}, {[]int{2, 2, 3}, []int{2, 2, 7}, line(1, 2, 1)}, {[]int{1, 1, 1}, []int{1, 1, 5}, line(4, 2, 1)}, {[]int{1, 2, 5}, []int{1, 2, 4}, line(2, 1, 2)}, // as long as the padded row
+		{[]int{1, 1, 9}, []int{1, 1, 2}, line(4, 0, 1)}, {[]int{2, 2, 8}, []int{2, 2, 1}, line(3, 0, 1)}, {[]int{1, 2, 5}, []int{2, 2, 2}, line(5, 2, 1)}, {[]int{1, 1, 3}, []int{1, 1, 2}, line(4096, 0, 1)}, // strides above the kernel
+		{[]int{1, 1, 2}, []int{1, 1, 3}, line(1, 5, 1)}, {[]int{2, 2, 1}, []int{2, 2, 2}, line(1, 4, 1)}, {[]int{1, 2, 3}, []int{2, 2, 2}, line(3, 7, 2)}, {[]int{1, 1, 1}, []int{1, 1, 1}, line(2, 3, 1)}, {[]int{1, 1, 1}, []int{1, 1, 2}, line(4096, 4096, 1)}, // pads above the row
+		{[]int{1, 1, 6}, []int{1, 1, 2}, line(1, 0, 3)}, {[]int{2, 2, 7}, []int{2, 2, 3}, line(1, 1, 2)}, {[]int{1, 2, 5}, []int{2, 2, 3}, line(2, 4, 4)}, {[]int{1, 1, 1}, []int{1, 1, 3}, line(1, 4096, 4096)}, // dilations
+		{[]int{1, 1, 6}, []int{1, 1, 2}, line(3, 0, 1)}, {[]int{1, 2, 7}, []int{2, 2, 3}, line(3, 0, 1)}, {[]int{2, 1, 6}, []int{1, 1, 3}, line(2, 0, 1)}, {[]int{1, 1, 5}, []int{1, 1, 2}, line(2, 1, 2)}, // a last place that a stride leaves out
+	}
+}
+
+func planes() []going {
+	return []going{
+		{[]int{1, 1, 3, 4}, []int{1, 1, 2, 2}, plane(1, 0, 1)}, {[]int{1, 1, 3, 4}, []int{1, 1, 2, 3}, plane(1, 1, 1)}, {[]int{1, 1, 4, 3}, []int{1, 1, 3, 2}, plane(2, 1, 1)},
+		{[]int{1, 2, 3, 3}, []int{1, 2, 2, 2}, plane(1, 0, 1)}, {[]int{1, 1, 3, 3}, []int{3, 1, 2, 2}, plane(1, 0, 1)}, {[]int{3, 1, 3, 3}, []int{1, 1, 2, 2}, plane(1, 0, 1)}, {[]int{2, 3, 3, 2}, []int{2, 3, 2, 1}, plane(1, 1, 1)},
+		{[]int{1, 1, 3, 2}, []int{1, 1, 1, 1}, plane(1, 0, 1)}, {[]int{2, 2, 2, 3}, []int{2, 2, 1, 1}, plane(2, 1, 5)}, {[]int{1, 1, 1, 1}, []int{1, 1, 1, 1}, plane(1, 0, 1)},
+		{[]int{1, 1, 3, 4}, []int{1, 1, 3, 4}, plane(1, 0, 1)}, {[]int{1, 2, 2, 3}, []int{2, 2, 4, 5}, plane(1, 1, 1)}, {[]int{1, 1, 2, 3}, []int{1, 1, 2, 1}, plane(1, 0, 1)},
+		{[]int{1, 1, 5, 4}, []int{1, 1, 2, 1}, plane(3, 0, 1)}, {[]int{1, 2, 5, 6}, []int{2, 2, 1, 2}, planeOf([]int{2, 3}, []int{0, 1}, []int{1, 1})},
+		{[]int{1, 1, 1, 2}, []int{1, 1, 2, 2}, plane(1, 3, 1)}, {[]int{2, 2, 2, 1}, []int{1, 2, 2, 2}, planeOf([]int{1, 2}, []int{3, 2}, []int{1, 1})}, {[]int{1, 1, 2, 2}, []int{1, 1, 1, 2}, planeOf([]int{1, 1}, []int{4, 0}, []int{1, 1})}, {[]int{1, 1, 2, 2}, []int{1, 1, 2, 1}, planeOf([]int{1, 1}, []int{0, 4}, []int{1, 1})},
+		{[]int{1, 1, 5, 6}, []int{1, 1, 2, 3}, plane(1, 0, 2)}, {[]int{1, 2, 4, 3}, []int{2, 2, 2, 2}, planeOf([]int{2, 1}, []int{1, 2}, []int{3, 2})}, {[]int{1, 1, 1, 1}, []int{1, 1, 3, 3}, plane(1, 4096, 4096)},
+		{[]int{1, 1, 4, 4}, []int{1, 1, 1, 2}, planeOf([]int{3, 1}, []int{0, 0}, []int{1, 1})}, {[]int{1, 1, 6, 5}, []int{1, 1, 2, 2}, planeOf([]int{3, 2}, []int{0, 0}, []int{2, 1})}, {[]int{2, 1, 5, 1}, []int{1, 1, 2, 1}, planeOf([]int{2, 4096}, []int{0, 0}, []int{1, 1})},
+	}
+}
+
+// indexes are all of s, in order.
+func indexes(s []int) [][]int {
+	list := [][]int{nil}
+	for _, d := range s {
+		var longer [][]int
+		for _, i := range list {
+			for x := range d {
+				longer = append(longer, append(slices.Clone(i), x))
+			}
+		}
+		list = longer
+	}
+	return list
+}
+
+// at is the place of an index that is put together of lists.
+func at(s []int, parts ...[]int) int {
+	place := 0
+	for k, x := range slices.Concat(parts...) {
+		place = place*s[k] + x
+	}
+	return place
+}
+
+// places are as many along each dimension as there are with the last tap not behind the pad.
+func places(l, k []int, c api.Conv) []int {
+	var list []int
+	for d := range l {
+		n := 0
+		for n*c.Stride[d]+(k[d]-1)*c.Dilation[d]-c.Pad[d] < l[d]+c.Pad[d] {
+			n++
+		}
+		list = append(list, n)
+	}
+	return list
+}
+
+// stands is where a tap does at a place, and whether that is within.
+func stands(l, place, tap []int, c api.Conv) ([]int, bool) {
+	var where []int
+	within := true
+	for d := range l {
+		x := place[d]*c.Stride[d] + tap[d]*c.Dilation[d] - c.Pad[d]
+		where, within = append(where, x), within && 0 <= x && x < l[d]
+	}
+	return where, within
+}
+
+// rounded is the floor of n / 2^f and a half, less 1 if that is a half and odd.
+func rounded(n *big.Int, f int) *big.Int {
+	one := big.NewInt(1)
+	twice := new(big.Int).Lsh(n, 1)
+	up, rest := new(big.Int).DivMod(twice.Add(twice, new(big.Int).Lsh(one, uint(f))), new(big.Int).Lsh(one, uint(f+1)), new(big.Int))
+	if rest.Sign() == 0 && up.Bit(0) == 1 {
+		up.Sub(up, one)
+	}
+	return up
+}
+
+func put(a api.Tensor, word *big.Int) (api.Tensor, bool) {
+	if word.CmpAbs(big.NewInt(most)) > 0 {
+		return api.Tensor{}, false
+	}
+	a.Data = append(a.Data, word.Int64())
+	return a, true
+}
+
+// convolved is word by word what the chapter's formula says.
+func convolved(x, w api.Tensor, c api.Conv, f int) (api.Tensor, api.Errno) {
+	l, k := x.Shape[2:], w.Shape[2:]
+	want := api.Tensor{Shape: append([]int{x.Shape[0], w.Shape[0]}, places(l, k, c)...)}
+	for _, i := range indexes(want.Shape) {
+		sum := new(big.Int)
+		for ch := range x.Shape[1] {
+			for _, tap := range indexes(k) {
+				if where, within := stands(l, i[2:], tap, c); within {
+					sum.Add(sum, new(big.Int).Mul(big.NewInt(x.Data[at(x.Shape, []int{i[0], ch}, where)]), big.NewInt(w.Data[at(w.Shape, []int{i[1], ch}, tap)])))
+				}
+			}
+		}
+		var is bool
+		if want, is = put(want, rounded(sum, f)); !is {
+			return api.Tensor{}, api.ErrOver
+		}
+	}
+	return want, api.OK
+}
+
+// columns are row by row, each by channel and tap, column by place.
+func columns(x api.Tensor, k []int, c api.Conv) api.Tensor {
+	l := x.Shape[2:]
+	over := places(l, k, c)
+	want := api.Tensor{Shape: []int{x.Shape[0], x.Shape[1] * sample.Count(k), sample.Count(over)}}
+	for n := range x.Shape[0] {
+		for ch := range x.Shape[1] {
+			for _, tap := range indexes(k) {
+				for _, place := range indexes(over) {
+					word := int64(0)
+					if where, within := stands(l, place, tap, c); within {
+						word = x.Data[at(x.Shape, []int{n, ch}, where)]
+					}
+					want.Data = append(want.Data, word)
+				}
+			}
+		}
+	}
+	return want
+}
+
+// backed is at each word of s the sum of what would be laid from it.
+func backed(t api.Tensor, s, k []int, c api.Conv) (api.Tensor, api.Errno) {
+	want := api.Tensor{Shape: s}
+	over := places(s[2:], k, c)
+	for _, i := range indexes(s) {
+		sum := new(big.Int)
+		for _, tap := range indexes(k) {
+			for _, place := range indexes(over) {
+				if where, within := stands(s[2:], place, tap, c); within && slices.Equal(where, i[2:]) {
+					row := i[1]*sample.Count(k) + at(k, tap)
+					sum.Add(sum, big.NewInt(t.Data[at(t.Shape, []int{i[0], row, at(over, place)})]))
+				}
+			}
+		}
+		var is bool
+		if want, is = put(want, sum); !is {
+			return api.Tensor{}, api.ErrOver
+		}
+	}
+	return want, api.OK
+}
+
+func convHolds(t *testing.T, x, w api.Tensor, c api.Conv, f int) {
+	t.Helper()
+	want, e := convolved(x, w, c, f)
+	convIs(t, x, w, c, f, want, e)
+}
+
+// filled is a tensor of one word everywhere.
+func filled(s []int, v int64) api.Tensor {
+	return api.Tensor{Shape: s, Data: slices.Repeat([]int64{v}, sample.Count(s))}
+}
+
+// rising is 1, 2, 3 and so on.
+func rising(s []int) api.Tensor {
+	a := filled(s, 0)
+	for n := range a.Data {
+		a.Data[n] = int64(n + 1)
+	}
+	return a
+}
+
+// signed has the greatest and the least word alone.
+func signed(m *mixer.Mixer, s []int) api.Tensor {
+	a := filled(s, most)
+	for n := range a.Data {
+		if m.Below(2) == 0 {
+			a.Data[n] = -most
+		}
+	}
+	return a
+}
+
+// P11.1
+
+func TestConvsOfAllShapesAndFractions(t *testing.T) {
+	m := mixer.Mixer(111)
+	for _, g := range goings() {
+		for f := api.MinF; f <= api.MaxF; f++ {
+			for _, bits := range []int{3, f, 40, 47} { // with the longest ones most sums are no words
+				convHolds(t, sample.Tensor(&m, g.x, bits), sample.Tensor(&m, g.w, f), g.c, f)
+			}
+			convHolds(t, sample.Tensor(&m, g.x, 5), sample.Tensor(&m, g.w, 47), g.c, f)
+		}
+	}
+}
+
+func TestConvsOfTheGreatestAndTheLeastWords(t *testing.T) {
+	m := mixer.Mixer(112)
+	for _, g := range goings() {
+		for _, f := range []int{8, 9, 16, 31, 32} {
+			for _, v := range []int64{most, -most, 1 << f, -1 << f, 1 << (f - 1), 1, 0} {
+				convHolds(t, filled(g.x, v), filled(g.w, most), g.c, f)
+				convHolds(t, filled(g.x, -most), filled(g.w, v), g.c, f)
+				convHolds(t, signed(&m, g.x), filled(g.w, v), g.c, f)
+			}
+			convHolds(t, signed(&m, g.x), signed(&m, g.w), g.c, f)
+		}
+	}
+}
+
+func TestOneWordByOneTap(t *testing.T) {
+	s := []int{1, 1, 1}
+	for _, x := range sample.Edges() {
+		for _, y := range sample.Edges() {
+			for _, f := range []int{8, 15, 23, 32} {
+				convHolds(t, of(s, x), of(s, y), line(1, 0, 1), f)
+			}
+		}
+	}
+}
+
+func TestOneSpatialDimension(t *testing.T) {
+	x := of([]int{2, 2, 3}, 1, 2, 3, 4, 5, 6, 7, 8, 9, 10, 11, 12)
+	w := of([]int{2, 2, 2}, 256, 512, 0, 256, -256, 256, 768, 0)
+	convIs(t, x, w, line(1, 0, 1), 8, of([]int{2, 2, 2}, 10, 14, 13, 16, 34, 38, 31, 34), api.OK)
+	convIs(t, x, w, line(1, 0, 2), 8, of([]int{2, 2, 1}, 13, 14, 37, 32), api.OK)
+	convIs(t, x, w, line(3, 2, 1), 8, of([]int{2, 2, 2}, 0, 14, 0, 16, 0, 38, 0, 34), api.OK)
+}
+
+func TestTwoSpatialDimensions(t *testing.T) {
+	x := rising([]int{1, 1, 3, 4})
+	w := of([]int{1, 1, 2, 2}, 256, 512, 768, 1024)
+	convIs(t, x, w, plane(1, 0, 1), 8, of([]int{1, 1, 2, 3}, 44, 54, 64, 84, 94, 104), api.OK)
+	convIs(t, x, w, planeOf([]int{2, 1}, []int{0, 1}, []int{1, 1}), 8, of([]int{1, 1, 1, 5}, 22, 44, 54, 64, 28), api.OK)
+	convIs(t, x, w, planeOf([]int{1, 2}, []int{1, 0}, []int{1, 1}), 8, of([]int{1, 1, 4, 2}, 11, 25, 44, 64, 84, 104, 29, 35), api.OK)
+	convIs(t, x, w, planeOf([]int{1, 1}, []int{0, 0}, []int{2, 3}), 8, of([]int{1, 1, 1, 1}, 1+8+27+48), api.OK)
+	convIs(t, x, of([]int{1, 1, 1, 2}, 256, 512), plane(2, 0, 1), 8, of([]int{1, 1, 2, 2}, 5, 11, 29, 35), api.OK)
+	convIs(t, x, of([]int{1, 1, 2, 1}, 256, 512), plane(1, 0, 1), 8, of([]int{1, 1, 2, 4}, 11, 14, 17, 20, 23, 26, 29, 32), api.OK)
+}
+
+func TestPlacesWhoseTapsAreAllOut(t *testing.T) {
+	convIs(t, of([]int{1, 1, 2}, 3, 5), of([]int{1, 1, 2}, 256, 256), line(1, 3, 1), 8, of([]int{1, 1, 7}, 0, 0, 3, 8, 5, 0, 0), api.OK)
+	convIs(t, of([]int{1, 1, 1}, 3), of([]int{1, 1, 2}, 256, 256), line(1, 1, 2), 8, of([]int{1, 1, 1}, 0), api.OK) // on both sides of it
+	convIs(t, of([]int{1, 1, 1, 1}, 3), of([]int{1, 1, 1, 1}, 256), plane(1, 1, 1), 8, of([]int{1, 1, 3, 3}, 0, 0, 0, 0, 3, 0, 0, 0, 0), api.OK)
+	convIs(t, of([]int{1, 1, 1, 2}, 3, 5), of([]int{2, 1, 1, 1}, 256, 512), planeOf([]int{1, 1}, []int{1, 0}, []int{1, 1}), 8, of([]int{1, 2, 3, 2}, 0, 0, 3, 5, 0, 0, 0, 0, 6, 10, 0, 0), api.OK)
+	convIs(t, filled([]int{1, 1, 1}, most), filled([]int{1, 1, 1}, most), line(4096, 4095, 1), 32, of([]int{1, 1, 2}, 0, 0), api.OK)
+}
+
+func TestHalvesGoToTheEvenOne(t *testing.T) {
+	one, two := []int{1, 1, 1}, []int{1, 1, 2}
+	for f := api.MinF; f <= api.MaxF; f++ {
+		half := int64(1) << (f - 1)
+		for _, c := range []struct{ n, want int64 }{{1, 0}, {3, 2}, {5, 2}, {7, 4}, {-1, 0}, {-3, -2}, {-5, -2}, {-7, -4}} {
+			convIs(t, of(one, c.n), of(one, half), line(1, 0, 1), f, of(one, c.want), api.OK)
+			convIs(t, of(one, half), of(one, c.n), line(1, 0, 1), f, of(one, c.want), api.OK)
+			convIs(t, of(two, c.n, c.n), of(two, half-1, 1), line(1, 0, 1), f, of(one, c.want), api.OK)
+			convIs(t, of([]int{1, 2, 1}, c.n, 1), of([]int{1, 2, 1}, half, 1), line(1, 0, 1), f, of(one, (c.n+1)/2), api.OK)
+			convIs(t, of([]int{1, 1, 2, 1}, c.n, -1), of([]int{1, 1, 2, 1}, half, 1), plane(1, 0, 1), f, of([]int{1, 1, 1, 1}, (c.n-1)/2), api.OK)
+		}
+	}
+}
+
+func TestASumIsRoundedOnce(t *testing.T) {
+	one, four := []int{1, 1, 1}, []int{1, 1, 4}
+	quarters := filled(four, 1<<6)
+	convIs(t, filled(four, 1), quarters, line(1, 0, 1), 8, of(one, 1), api.OK) // each by itself would go to 0
+	convIs(t, filled(four, -3), quarters, line(1, 0, 1), 8, of(one, -3), api.OK)
+	convIs(t, of(four, 1, 1, 1, 3), quarters, line(1, 0, 1), 8, of(one, 2), api.OK) // a half, to even
+	convIs(t, of(four, 1, 1, 0, 0), quarters, line(1, 0, 1), 8, of(one, 0), api.OK)
+	convIs(t, filled([]int{1, 4, 1}, 1), filled([]int{1, 4, 1}, 1<<6), line(1, 0, 1), 8, of(one, 1), api.OK)
+	convIs(t, filled([]int{1, 1, 2, 2}, 1), filled([]int{1, 1, 2, 2}, 1<<6), plane(1, 0, 1), 8, of([]int{1, 1, 1, 1}, 1), api.OK)
+	convIs(t, filled([]int{1, 1, 4096}, 1), filled([]int{1, 1, 4096}, 1), line(1, 0, 1), 12, of(one, 1), api.OK)
+	convIs(t, filled([]int{1, 16, 4096}, 1), filled([]int{1, 16, 4096}, 1), line(1, 0, 1), 17, of(one, 0), api.OK)
+	convIs(t, filled([]int{1, 16, 4096}, 3), filled([]int{1, 16, 4096}, -1), line(1, 0, 1), 17, of(one, -2), api.OK)
+}
+
+func TestSumsThatAreNoWords(t *testing.T) {
+	for _, f := range []int{8, 16, 32} {
+		one := int64(1) << f
+		for _, c := range []struct {
+			words []int64
+			want  int64 // 0: ErrOver
+		}{
+			{[]int64{most, 1}, 0}, {[]int64{-most, -1}, 0}, {[]int64{1 << 46, 1 << 46}, 0}, {[]int64{-1 << 46, -1 << 46}, 0}, {[]int64{most, most}, 0}, {[]int64{-most, -most}, 0},
+			{[]int64{1 << 46, 1<<46 - 1}, most}, {[]int64{-1 << 46, -1<<46 + 1}, -most},
+			{[]int64{most, 1, -1}, most}, {[]int64{-most, -1, 1}, -most}, {[]int64{most, most, -most}, most}, {[]int64{-most, -most, most}, -most}, {[]int64{most, most, most, -most, -most, -7}, most - 7}, {[]int64{1, most, -1}, most},
+		} {
+			want, wantE := []int64{c.want}, api.OK
+			if c.want == 0 {
+				want, wantE = nil, api.ErrOver
+			}
+			for _, s := range [][]int{{1, 1, len(c.words)}, {1, len(c.words), 1}, {1, 1, 1, len(c.words)}, {1, 1, len(c.words), 1}, {1, len(c.words), 1, 1}} {
+				numbers, told := line(1, 0, 1), api.Tensor{}
+				if len(s) == 4 {
+					numbers = plane(1, 0, 1)
+				}
+				if wantE == api.OK {
+					told = of(slices.Repeat([]int{1}, len(s)), want...)
+				}
+				convIs(t, of(s, c.words...), filled(s, one), numbers, f, told, wantE)
+				convIs(t, filled(s, one), of(s, c.words...), numbers, f, told, wantE)
+			}
+		}
+	}
+}
+
+func TestPartsThatAreNoWords(t *testing.T) {
+	one, two := []int{1, 1, 1}, []int{1, 1, 2}
+	for f := api.MinF; f <= api.MaxF; f++ {
+		v := int64(2) << f
+		convIs(t, of(two, v, v), of(two, most, -most+3), line(1, 0, 1), f, of(one, 6), api.OK)
+		convIs(t, of(two, -most, most), of(two, most, most), line(1, 0, 1), f, of(one, 0), api.OK)
+		convIs(t, of(two, v, v), of(two, most, -most+3), line(1, 1, 1), f, api.Tensor{}, api.ErrOver) // with one tap of both out
+		convIs(t, of(one, v), of(one, most), line(1, 0, 1), f, api.Tensor{}, api.ErrOver)
+	}
+}
+
+func TestWordsJustBelowAndJustAbove(t *testing.T) {
+	one, two := []int{1, 1, 1}, []int{1, 1, 2}
+	for f := api.MinF; f <= api.MaxF; f++ {
+		half, whole := int64(1)<<(f-1), int64(1)<<f
+		for _, sign := range []int64{1, -1} {
+			convIs(t, of(two, sign*most, sign), of(two, whole, half-1), line(1, 0, 1), f, of(one, sign*most), api.OK)
+			convIs(t, of(two, sign*most, sign), of(two, whole, half), line(1, 0, 1), f, api.Tensor{}, api.ErrOver) // the even one of both is 2^47
+			convIs(t, of(two, sign*(most-1), sign), of(two, whole, half), line(1, 0, 1), f, of(one, sign*(most-1)), api.OK)
+		}
+	}
+}
+
+func TestAnyWordsErrorIsTold(t *testing.T) {
+	for _, g := range goings() {
+		for n := range sample.Count(g.x) {
+			x := filled(g.x, 1)
+			x.Data[n] = most
+			convHolds(t, x, filled(g.w, 512), g.c, 8)
+			x.Data[n] = -most
+			convHolds(t, x, filled(g.w, 512), g.c, 8)
+		}
+	}
+	ones := []int{1, 1, 1}
+	convIs(t, of([]int{3, 1, 1}, 1, 1, most), of(ones, 512), line(1, 0, 1), 8, api.Tensor{}, api.ErrOver)
+	convIs(t, of(ones, 512), of([]int{3, 1, 1}, 1, 1, most), line(1, 0, 1), 8, api.Tensor{}, api.ErrOver)
+	convIs(t, of([]int{1, 1, 3}, 1, 1, most), of(ones, 512), line(1, 0, 1), 8, api.Tensor{}, api.ErrOver)
+	convIs(t, of([]int{1, 1, 3}, 1, 1, most), of(ones, 512), line(2, 1, 1), 8, of([]int{1, 1, 3}, 0, 2, 0), api.OK) // a word that no tap meets
+}
+
+func TestConvsOfAsManyWordsAsThereMayBe(t *testing.T) {
+	convIs(t, filled([]int{16, 1, 4096}, 3), filled([]int{1, 1, 1}, 256), line(1, 0, 1), 8, filled([]int{16, 1, 4096}, 3), api.OK)
+	convIs(t, filled([]int{1, 1, 4096}, 3), filled([]int{16, 1, 1}, 256), line(1, 0, 1), 8, filled([]int{1, 16, 4096}, 3), api.OK)
+	convIs(t, filled([]int{1, 16, 4096}, most), filled([]int{1, 16, 4096}, most), line(1, 0, 1), 32, api.Tensor{}, api.ErrOver)
+	convIs(t, filled([]int{1, 16, 4096}, -most), filled([]int{1, 16, 4096}, most), line(1, 0, 1), 8, api.Tensor{}, api.ErrOver)
+	convIs(t, filled([]int{1, 1, 256, 256}, 3), filled([]int{1, 1, 1, 1}, 256), plane(1, 0, 1), 8, filled([]int{1, 1, 256, 256}, 3), api.OK)
+	convIs(t, filled([]int{1, 1, 256, 256}, 1<<24), filled([]int{1, 1, 256, 256}, 1<<24), plane(1, 0, 1), 32, of([]int{1, 1, 1, 1}, 1<<32), api.OK)
+	convIs(t, filled([]int{1, 1, 1}, 3), filled([]int{1, 1, 4096}, 256), line(1, 4095, 1), 8, filled([]int{1, 1, 4096}, 3), api.OK)
+	convIs(t, filled([]int{1, 4096, 4, 4}, 1), filled([]int{1, 4096, 4, 4}, 1), plane(1, 0, 1), 16, of([]int{1, 1, 1, 1}, 1), api.OK)
+}
+
+func TestExamples(t *testing.T) {
+	x, w := of([]int{1, 1, 4}, 1, 2, 3, 4), of([]int{1, 1, 2}, 256, 256)
+	convIs(t, x, w, line(1, 0, 1), 8, of([]int{1, 1, 3}, 3, 5, 7), api.OK)
+	convIs(t, x, w, line(1, 1, 1), 8, of([]int{1, 1, 5}, 1, 3, 5, 7, 4), api.OK)
+	convIs(t, x, w, line(2, 0, 1), 8, of([]int{1, 1, 2}, 3, 7), api.OK)
+}
+
+// noNumbers are a convolution's but for one thing.
+func noNumbers() []api.Conv {
+	one, none, ones, nones := []int{1}, []int{0}, []int{1, 1}, []int{0, 0}
+	list := []api.Conv{
+		{}, {Stride: []int{}, Pad: []int{}, Dilation: []int{}}, planeOf(nil, none, one), planeOf(one, nil, one), planeOf(one, none, nil), planeOf(nil, nones, ones), planeOf(ones, nil, ones), planeOf(ones, nones, nil),
+		planeOf(ones, none, one), planeOf(one, nones, one), planeOf(one, none, ones), planeOf(one, nones, ones), planeOf(ones, none, ones), planeOf(ones, nones, one),
+		planeOf([]int{1, 1, 1}, []int{0, 0, 0}, []int{1, 1, 1}), planeOf([]int{1, 1, 1}, nones, ones), planeOf(ones, []int{0, 0, 0}, ones), planeOf(ones, nones, []int{1, 1, 1}), planeOf([]int{1, 1, 1, 1}, []int{0, 0, 0, 0}, []int{1, 1, 1, 1}),
+		{Kernel: one, Stride: one, Pad: none, Dilation: one}, {Kernel: ones, Stride: ones, Pad: nones, Dilation: ones}, {Kernel: one, Stride: ones, Pad: nones, Dilation: ones}, {Kernel: none, Stride: one, Pad: none, Dilation: one},
+	}
+	for _, v := range []int{0, -1, 4097, math.MinInt, math.MaxInt} {
+		list = append(list, line(v, 0, 1), line(1, 0, v), planeOf([]int{v, 1}, nones, ones), planeOf([]int{1, v}, nones, ones), planeOf(ones, nones, []int{v, 1}), planeOf(ones, nones, []int{1, v}))
+		if v != 0 {
+			list = append(list, line(1, v, 1), planeOf(ones, []int{v, 0}, ones), planeOf(ones, []int{0, v}, ones))
+		}
+	}
+	return list
+}
+
+// noGoings are what does not go together.
+func noGoings() []going {
+	return []going{
+		{nil, nil, line(1, 0, 1)}, {nil, []int{1, 1, 1}, line(1, 0, 1)}, {[]int{1, 1, 1}, nil, line(1, 0, 1)}, {[]int{1}, []int{1}, line(1, 0, 1)}, {[]int{1, 1}, []int{1, 1}, line(1, 0, 1)}, {[]int{1, 1}, []int{1, 1}, plane(1, 0, 1)}, {[]int{1}, []int{1, 1, 1}, line(1, 0, 1)}, {[]int{1, 1, 1}, []int{1}, line(1, 0, 1)}, // ranks
+		{[]int{1, 1}, []int{1, 1, 1}, line(1, 0, 1)}, {[]int{1, 1, 1}, []int{1, 1}, line(1, 0, 1)}, {[]int{1, 1, 1}, []int{1, 1, 1, 1}, line(1, 0, 1)}, {[]int{1, 1, 1, 1}, []int{1, 1, 1}, line(1, 0, 1)}, {[]int{1, 1, 1}, []int{1, 1, 1, 1}, plane(1, 0, 1)}, {[]int{1, 1, 1, 1}, []int{1, 1, 1}, plane(1, 0, 1)},
+		{[]int{1, 2, 3}, []int{1, 1, 3}, line(1, 0, 1)}, {[]int{1, 1, 3}, []int{1, 2, 3}, line(1, 0, 1)}, {[]int{2, 1, 3}, []int{1, 2, 3}, line(1, 0, 1)}, {[]int{1, 2, 3}, []int{2, 1, 3}, line(1, 0, 1)}, {[]int{1, 2, 1, 1}, []int{1, 3, 1, 1}, plane(1, 0, 1)}, // channels
+		{[]int{1, 1, 3}, []int{1, 1, 2}, plane(1, 0, 1)}, {[]int{1, 1, 3, 3}, []int{1, 1, 2, 2}, line(1, 0, 1)}, {[]int{1, 1, 1}, []int{1, 1, 1}, plane(1, 0, 1)}, {[]int{1, 1, 1, 1}, []int{1, 1, 1, 1}, line(1, 0, 1)}, // numbers for another rank
+		{[]int{1, 1, 3}, []int{1, 1, 4}, line(1, 0, 1)}, {[]int{1, 1, 3}, []int{1, 1, 4}, line(2, 0, 1)}, {[]int{1, 1, 3}, []int{1, 1, 4}, line(4096, 0, 1)}, {[]int{1, 1, 3}, []int{1, 1, 8}, line(1, 2, 1)}, {[]int{1, 1, 3}, []int{1, 1, 2}, line(1, 0, 3)}, {[]int{1, 1, 1}, []int{1, 1, 4096}, line(4096, 0, 4096)}, {[]int{1, 1, 1}, []int{1, 1, 4}, line(1, 4096, 4096)}, // no place
+		{[]int{1, 1, 2, 3}, []int{1, 1, 3, 3}, plane(1, 0, 1)}, {[]int{1, 1, 3, 2}, []int{1, 1, 3, 3}, plane(1, 0, 1)}, {[]int{1, 1, 3, 3}, []int{1, 1, 4, 4}, plane(7, 0, 1)}, {[]int{1, 1, 3, 3}, []int{1, 1, 4, 1}, planeOf([]int{1, 1}, []int{0, 1}, []int{1, 1})}, {[]int{1, 1, 3, 3}, []int{1, 1, 2, 2}, planeOf([]int{1, 1}, []int{0, 0}, []int{1, 3})}, {[]int{1, 1, 3, 3}, []int{1, 1, 2, 2}, planeOf([]int{1, 1}, []int{0, 0}, []int{3, 1})}, {[]int{1, 1, 5, 5}, []int{1, 1, 4, 16}, plane(1, 1, 2)},
+	}
+}
+
+// longGoings make an answer that has too many words, or a dimension that is none.
+func longGoings() []going {
+	return []going{
+		{[]int{17, 1, 1}, []int{4096, 1, 1}, line(1, 0, 1)}, {[]int{1, 1, 4096}, []int{17, 1, 1}, line(1, 0, 1)}, {[]int{1, 1, 4096}, []int{1, 1, 1}, line(1, 1, 1)}, {[]int{1, 1, 4096}, []int{1, 1, 1}, line(1, 4096, 1)}, {[]int{1, 1, 1}, []int{1, 1, 1}, line(1, 2048, 1)}, {[]int{16, 1, 256}, []int{16, 1, 2}, line(1, 1, 1)}, {[]int{257, 1, 1}, []int{256, 1, 1}, line(1, 0, 1)},
+		{[]int{1, 1, 256, 256}, []int{1, 1, 2, 2}, plane(1, 1, 1)}, {[]int{1, 1, 1, 1}, []int{1, 1, 1, 1}, plane(1, 4096, 1)}, {[]int{1, 1, 1, 1}, []int{1, 1, 1, 1}, planeOf([]int{1, 1}, []int{2048, 0}, []int{1, 1})}, {[]int{1, 1, 1, 1}, []int{1, 1, 1, 1}, planeOf([]int{1, 1}, []int{0, 2048}, []int{1, 1})}, {[]int{2, 1, 128, 128}, []int{3, 1, 1, 1}, plane(1, 0, 1)},
+	}
+}
+
+func TestConvsOfWhatDoesNotGoTogether(t *testing.T) {
+	for _, g := range noGoings() {
+		convIs(t, filled(g.x, 1), filled(g.w, 1), g.c, 8, api.Tensor{}, api.ErrShape)
+		convIs(t, filled(g.x, most), filled(g.w, most), g.c, 8, api.Tensor{}, api.ErrShape) // with sums that are no words
+	}
+}
+
+func TestConvsThatHaveTooManyWords(t *testing.T) {
+	for _, g := range longGoings() {
+		convIs(t, filled(g.x, 1), filled(g.w, 1), g.c, 8, api.Tensor{}, api.ErrBudget)
+		convIs(t, filled(g.x, most), filled(g.w, most), g.c, 8, api.Tensor{}, api.ErrBudget)
+	}
+	convIs(t, filled([]int{1, 1, 1}, 3), filled([]int{1, 1, 1}, 256), line(2, 4095, 1), 8, filled([]int{1, 1, 4096}, 0), api.OK) // as many as there may be
+	// with channels that are not one, too
+	for _, g := range longGoings() {
+		wrong := slices.Clone(g.w)
+		wrong[1]++
+		if sample.Count(wrong) <= api.MaxElems {
+			convIs(t, filled(g.x, 1), filled(wrong, 1), g.c, 8, api.Tensor{}, api.ErrShape)
+		}
+	}
+}
+
+func TestNumbersThatAreNone(t *testing.T) {
+	all := slices.Concat(goings()[:3], planes()[:3], noGoings(), longGoings())
+	for _, c := range noNumbers() {
+		for _, g := range all {
+			convIs(t, filled(g.x, most), filled(g.w, most), c, 8, api.Tensor{}, api.ErrForm)
+		}
+		for _, s := range [][]int{nil, {4}, {1, 4}, {1, 1, 4}, {1, 1, 4, 4}} {
+			for _, k := range [][]int{nil, {1}, {5}, {1, 1}, {5, 5}, {1, 1, 1}} {
+				colsIs(t, filled(s, 1), k, c, api.Tensor{}, api.ErrForm)
+				backIs(t, filled([]int{1, 1, 4}, 1), s, k, c, api.Tensor{}, api.ErrForm)
+			}
+		}
+	}
+}
+
+func TestErrorsOfConvInTheirOrder(t *testing.T) {
+	for _, g := range slices.Concat(goings(), noGoings(), longGoings()) {
+		x, w := filled(g.x, most), filled(g.w, most)
+		for _, f := range noCounts() {
+			convIs(t, x, w, g.c, f, api.Tensor{}, api.ErrForm)
+		}
+		for _, v := range sample.NoWords() {
+			for _, n := range []int{0, len(x.Data) / 2, len(x.Data) - 1} {
+				bad := of(g.x, slices.Clone(x.Data)...)
+				bad.Data[n] = v
+				convIs(t, bad, w, g.c, 8, api.Tensor{}, api.ErrForm)
+			}
+			for _, n := range []int{0, len(w.Data) / 2, len(w.Data) - 1} {
+				bad := of(g.w, slices.Clone(w.Data)...)
+				bad.Data[n] = v
+				convIs(t, x, bad, g.c, 8, api.Tensor{}, api.ErrForm)
+			}
+		}
+	}
+}
+
+func TestNoTensorsAreToldFirst(t *testing.T) {
+	good := of([]int{1, 1, 1}, most)
+	for _, bad := range append(sample.NoTensors(), api.Tensor{}, of([]int{1, 1, 0}), of([]int{1, 1, 4097}), of([]int{1, 1, 2}, 1), of([]int{1, 1, 2}, 1, 2, 3), of([]int{1, 1, 2, 2}, 1, 2, 3)) {
+		for _, c := range []api.Conv{line(1, 0, 1), plane(1, 0, 1), {}} {
+			convIs(t, bad, good, c, 8, api.Tensor{}, api.ErrForm)
+			convIs(t, good, bad, c, 8, api.Tensor{}, api.ErrForm)
+			convIs(t, bad, bad, c, 7, api.Tensor{}, api.ErrForm)
+			colsIs(t, bad, []int{1}, c, api.Tensor{}, api.ErrForm)
+			colsIs(t, bad, nil, c, api.Tensor{}, api.ErrForm)
+			backIs(t, bad, []int{1, 1, 1}, []int{1}, c, api.Tensor{}, api.ErrForm)
+			backIs(t, bad, nil, nil, c, api.Tensor{}, api.ErrForm)
+		}
+	}
+}
+
+// P11.2
+
+func TestColsOfAllShapes(t *testing.T) {
+	m := mixer.Mixer(113)
+	for _, g := range goings() {
+		for range 3 {
+			x := sample.Tensor(&m, g.x, 47)
+			colsIs(t, x, g.w[2:], g.c, columns(x, g.w[2:], g.c), api.OK)
+		}
+		x := signed(&m, g.x)
+		colsIs(t, x, g.w[2:], g.c, columns(x, g.w[2:], g.c), api.OK)
+	}
+}
+
+func TestCols(t *testing.T) {
+	x := rising([]int{1, 1, 4})
+	colsIs(t, x, []int{2}, line(1, 0, 1), of([]int{1, 2, 3}, 1, 2, 3, 2, 3, 4), api.OK)
+	colsIs(t, x, []int{2}, line(1, 1, 1), of([]int{1, 2, 5}, 0, 1, 2, 3, 4, 1, 2, 3, 4, 0), api.OK)
+	colsIs(t, x, []int{2}, line(3, 0, 1), of([]int{1, 2, 1}, 1, 2), api.OK)
+	colsIs(t, x, []int{2}, line(1, 1, 3), of([]int{1, 2, 3}, 0, 1, 2, 3, 4, 0), api.OK)
+	colsIs(t, x, []int{1}, line(1, 0, 1), of([]int{1, 1, 4}, 1, 2, 3, 4), api.OK)
+	colsIs(t, rising([]int{1, 2, 3}), []int{2}, line(1, 0, 1), of([]int{1, 4, 2}, 1, 2, 2, 3, 4, 5, 5, 6), api.OK)
+	colsIs(t, rising([]int{2, 1, 3}), []int{2}, line(1, 0, 1), of([]int{2, 2, 2}, 1, 2, 2, 3, 4, 5, 5, 6), api.OK)
+	colsIs(t, rising([]int{1, 1, 2, 3}), []int{2, 2}, plane(1, 0, 1), of([]int{1, 4, 2}, 1, 2, 2, 3, 4, 5, 5, 6), api.OK)
+	colsIs(t, rising([]int{1, 1, 2, 2}), []int{1, 2}, planeOf([]int{1, 1}, []int{0, 1}, []int{1, 1}), of([]int{1, 2, 6}, 0, 1, 2, 0, 3, 4, 1, 2, 0, 3, 4, 0), api.OK)
+	colsIs(t, rising([]int{1, 1, 2, 2}), []int{2, 1}, planeOf([]int{1, 1}, []int{1, 0}, []int{1, 1}), of([]int{1, 2, 6}, 0, 0, 1, 2, 3, 4, 1, 2, 3, 4, 0, 0), api.OK)
+	colsIs(t, of([]int{1, 1, 1}, -most), []int{3}, line(1, 2, 1), of([]int{1, 3, 3}, 0, 0, -most, 0, -most, 0, -most, 0, 0), api.OK)
+	colsIs(t, of([]int{1, 1, 1}, most), []int{2}, line(1, 1, 2), of([]int{1, 2, 1}, 0, 0), api.OK)
+}
+
+func TestColsOfKernelsThatAreNone(t *testing.T) {
+	for _, v := range []int{0, -1, 4097, math.MinInt, math.MaxInt} {
+		for _, k := range [][]int{{v}, {v, 1}, {1, v}, {v, v}, {1, 1, v}, {1, v, 1, 1}} {
+			for _, s := range [][]int{nil, {3}, {1, 3}, {1, 1, 3}, {1, 1, 3, 3}, {1, 4096, 4, 4}} {
+				for _, c := range []api.Conv{line(1, 0, 1), plane(1, 0, 1), plane(1, 4096, 1)} {
+					colsIs(t, filled(s, 1), k, c, api.Tensor{}, api.ErrForm)
+					backIs(t, filled(s, 1), s, k, c, api.Tensor{}, api.ErrForm)
+				}
+			}
+		}
+	}
+}
+
+func TestColsOfWhatDoesNotGoTogether(t *testing.T) {
+	for _, c := range []struct {
+		x, k []int
+		c    api.Conv
+	}{
+		{nil, nil, line(1, 0, 1)}, {nil, []int{1}, line(1, 0, 1)}, {[]int{3}, []int{1}, line(1, 0, 1)}, {[]int{1, 3}, []int{1}, line(1, 0, 1)}, {[]int{1, 3}, nil, line(1, 0, 1)}, {[]int{1, 3}, []int{1, 1}, plane(1, 0, 1)},
+		{[]int{1, 1, 3}, nil, line(1, 0, 1)}, {[]int{1, 1, 3}, []int{}, line(1, 0, 1)}, {[]int{1, 1, 3}, []int{1, 1}, line(1, 0, 1)}, {[]int{1, 1, 3}, []int{1, 1}, plane(1, 0, 1)}, {[]int{1, 1, 3}, []int{1}, plane(1, 0, 1)}, {[]int{1, 1, 3}, []int{1, 1, 1}, line(1, 0, 1)},
+		{[]int{1, 1, 3, 3}, nil, plane(1, 0, 1)}, {[]int{1, 1, 3, 3}, []int{1}, plane(1, 0, 1)}, {[]int{1, 1, 3, 3}, []int{1}, line(1, 0, 1)}, {[]int{1, 1, 3, 3}, []int{1, 1}, line(1, 0, 1)}, {[]int{1, 1, 3, 3}, []int{1, 1, 1}, plane(1, 0, 1)},
+		{[]int{1, 1, 3}, []int{4}, line(1, 0, 1)}, {[]int{1, 1, 3}, []int{4}, line(2, 0, 1)}, {[]int{1, 1, 3}, []int{4096}, line(4096, 0, 4096)}, {[]int{1, 1, 3}, []int{2}, line(1, 0, 3)}, {[]int{1, 1, 3}, []int{8}, line(1, 2, 1)}, {[]int{1, 1, 2, 3}, []int{3, 3}, plane(1, 0, 1)}, {[]int{1, 1, 3, 2}, []int{3, 3}, plane(1, 0, 1)}, {[]int{1, 1, 3, 3}, []int{4096, 4096}, plane(1, 0, 1)},
+	} {
+		colsIs(t, filled(c.x, most), c.k, c.c, api.Tensor{}, api.ErrShape)
+		backIs(t, filled([]int{1, 1, 1}, most), c.x, c.k, c.c, api.Tensor{}, api.ErrShape)
+	}
+}
+
+// longColumns make columns of which there are too many, or too long ones.
+func longColumns() []going {
+	return []going{
+		{[]int{1, 1, 4096}, []int{17}, line(1, 8, 1)}, {[]int{1, 1, 4096}, []int{16}, line(1, 8, 1)}, {[]int{1, 1, 4096}, []int{1}, line(1, 1, 1)}, {[]int{16, 1, 256}, []int{17}, line(1, 8, 1)}, {[]int{1, 4096, 16}, []int{2}, line(16, 0, 1)}, {[]int{1, 2049, 2}, []int{2}, line(1, 0, 1)}, {[]int{16, 16, 256}, []int{2}, line(1, 0, 1)},
+		{[]int{1, 1, 256, 256}, []int{1, 1}, plane(1, 0, 1)}, {[]int{1, 1, 65, 64}, []int{1, 1}, plane(1, 0, 1)}, {[]int{1, 1, 64, 64}, []int{65, 64}, plane(4096, 1, 1)}, {[]int{1, 1, 1, 1}, []int{4096, 4096}, plane(1, 4096, 1)}, {[]int{1, 4096, 1, 1}, []int{4096, 4096}, plane(1, 4095, 1)}, {[]int{1, 4096, 4, 4}, []int{1, 2}, plane(4096, 0, 1)},
+	}
+}
+
+func TestColsThatHaveTooManyWords(t *testing.T) {
+	for _, g := range longColumns() {
+		colsIs(t, filled(g.x, most), g.w, g.c, api.Tensor{}, api.ErrBudget)
+		for _, v := range sample.NoWords() {
+			bad := filled(g.x, most)
+			bad.Data[len(bad.Data)-1] = v
+			colsIs(t, bad, g.w, g.c, api.Tensor{}, api.ErrForm)
+		}
+		for _, s := range [][]int{{1, 1, 1}, {16, 64, 64}, {16, 4096}, {16, 16, 256}, nil, g.x} {
+			backIs(t, filled(s, most), g.x, g.w, g.c, api.Tensor{}, api.ErrShape) // no tensor has the shape that is none
+		}
+	}
+	colsIs(t, filled([]int{1, 1, 4096}, 3), []int{1}, line(1, 0, 1), filled([]int{1, 1, 4096}, 3), api.OK)
+	colsIs(t, filled([]int{16, 1, 4096}, 3), []int{1}, line(1, 0, 1), filled([]int{16, 1, 4096}, 3), api.OK)
+	colsIs(t, filled([]int{16, 2048, 2}, 3), []int{2}, line(1, 0, 1), filled([]int{16, 4096, 1}, 3), api.OK)
+	colsIs(t, filled([]int{1, 1, 64, 64}, 3), []int{64, 64}, plane(1, 0, 1), filled([]int{1, 4096, 1}, 3), api.OK)
+}
+
+func TestBacksOfAllShapes(t *testing.T) {
+	m := mixer.Mixer(114)
+	for _, g := range goings() {
+		k := g.w[2:]
+		s := []int{g.x[0], g.x[1] * sample.Count(k), sample.Count(places(g.x[2:], k, g.c))}
+		for _, bits := range []int{4, 30, 47, 47} { // with the longest ones some sums are no words
+			a := sample.Tensor(&m, s, bits)
+			want, e := backed(a, g.x, k, g.c)
+			backIs(t, a, g.x, k, g.c, want, e)
+		}
+		for _, a := range []api.Tensor{filled(s, most), filled(s, -most), filled(s, 1<<46), filled(s, 1), filled(s, 0), signed(&m, s)} {
+			want, e := backed(a, g.x, k, g.c)
+			backIs(t, a, g.x, k, g.c, want, e)
+		}
+	}
+}
+
+func TestBack(t *testing.T) {
+	backIs(t, of([]int{1, 2, 3}, 1, 10, 100, 1000, 10000, 100000), []int{1, 1, 4}, []int{2}, line(1, 0, 1), of([]int{1, 1, 4}, 1, 1010, 10100, 100000), api.OK)
+	backIs(t, of([]int{1, 2, 1}, 1, 10), []int{1, 1, 4}, []int{2}, line(3, 0, 1), of([]int{1, 1, 4}, 1, 10, 0, 0), api.OK) // words on which none stands
+	backIs(t, of([]int{1, 1, 2}, 1, 10), []int{1, 1, 5}, []int{1}, line(4, 0, 1), of([]int{1, 1, 5}, 1, 0, 0, 0, 10), api.OK)
+	backIs(t, of([]int{1, 2, 1}, most, -most), []int{1, 1, 1}, []int{2}, line(1, 1, 2), of([]int{1, 1, 1}, 0), api.OK)
+	backIs(t, of([]int{1, 2, 5}, 1000, 1, 2, 3, 4, 10, 20, 30, 40, 1000), []int{1, 1, 4}, []int{2}, line(1, 1, 1), of([]int{1, 1, 4}, 11, 22, 33, 44), api.OK) // words at taps that are out
+	backIs(t, of([]int{1, 4, 1}, 1, 2, 3, 4), []int{1, 2, 2}, []int{2}, line(1, 0, 1), of([]int{1, 2, 2}, 1, 2, 3, 4), api.OK)
+	backIs(t, of([]int{2, 2, 1}, 1, 2, 3, 4), []int{2, 1, 2}, []int{2}, line(1, 0, 1), of([]int{2, 1, 2}, 1, 2, 3, 4), api.OK)
+	backIs(t, of([]int{1, 4, 2}, 1, 2, 3, 4, 5, 6, 7, 8), []int{1, 1, 2, 3}, []int{2, 2}, plane(1, 0, 1), of([]int{1, 1, 2, 3}, 1, 5, 4, 5, 13, 8), api.OK)
+}
+
+func TestSumsOfBackThatAreNoWords(t *testing.T) {
+	s, k := []int{1, 1, 1}, []int{3}
+	from := func(words ...int64) api.Tensor {
+		a := filled([]int{1, 3, 3}, 1<<40)
+		a.Data[2], a.Data[4], a.Data[6] = words[0], words[1], words[2]
+		return a
+	}
+	for _, c := range []struct {
+		words []int64
+		want  int64 // 0: ErrOver
+	}{
+		{[]int64{most, 1, 0}, 0}, {[]int64{-most, 0, -1}, 0}, {[]int64{0, most, 1}, 0}, {[]int64{1 << 46, 1 << 46, 0}, 0}, {[]int64{most, most, most}, 0}, {[]int64{-most, -most, -most}, 0},
+		{[]int64{most, 1, -1}, most}, {[]int64{-most, -1, 1}, -most}, {[]int64{most, most, -most}, most}, {[]int64{-most, -most, most}, -most}, {[]int64{1 << 46, 1<<46 - 1, 0}, most}, {[]int64{most, 0, 0}, most},
+	} {
+		want, wantE := of(s, c.want), api.OK
+		if c.want == 0 {
+			want, wantE = api.Tensor{}, api.ErrOver
+		}
+		backIs(t, from(c.words...), s, k, line(1, 2, 1), want, wantE)
+	}
+	all := filled([]int{1, 256, 256}, most) // 4096 places of 16 taps, on each word
+	backIs(t, all, []int{1, 1, 256}, []int{256}, line(1, 127, 1), api.Tensor{}, api.ErrShape)
+	backIs(t, filled([]int{1, 256, 255}, most), []int{1, 1, 256}, []int{256}, line(1, 127, 1), api.Tensor{}, api.ErrOver)
+	backIs(t, filled([]int{1, 256, 256}, -most), []int{1, 1, 1}, []int{256}, line(1, 255, 1), api.Tensor{}, api.ErrOver)
+	backIs(t, of([]int{1, 2, 2}, 0, 1, most, 0), []int{1, 1, 1}, []int{2}, line(1, 1, 1), api.Tensor{}, api.ErrOver)
+	backIs(t, of([]int{1, 2, 3}, 1, 1, most, 1, 1, 1), []int{1, 1, 4}, []int{2}, line(1, 0, 1), api.Tensor{}, api.ErrOver) // the third word's alone
+}
+
+func TestBacksOfWhatDoesNotGoTogether(t *testing.T) {
+	s, k, c := []int{1, 1, 4}, []int{2}, line(1, 0, 1)
+	backIs(t, filled([]int{1, 2, 3}, most), s, k, c, api.Tensor{}, api.ErrOver)
+	for _, other := range [][]int{nil, {6}, {2, 3}, {3, 2}, {1, 3, 2}, {2, 1, 3}, {1, 2, 2}, {1, 2, 4}, {1, 1, 3}, {2, 2, 3}, {1, 6, 1}, {1, 2, 3, 1}, {1, 1, 2, 3}, {1, 1, 4}} {
+		backIs(t, filled(other, most), s, k, c, api.Tensor{}, api.ErrShape)
+	}
+	backIs(t, filled([]int{1, 2, 3}, 1), []int{1, 4}, k, c, api.Tensor{}, api.ErrShape)
+	backIs(t, filled([]int{1, 2, 3}, 1), []int{1, 1, 4, 1}, k, c, api.Tensor{}, api.ErrShape)
+	backIs(t, filled([]int{1, 2, 3}, 1), []int{1, 2, 4}, k, c, api.Tensor{}, api.ErrShape)
+	backIs(t, filled([]int{1, 2, 3}, 1), []int{2, 1, 4}, k, c, api.Tensor{}, api.ErrShape)
+	backIs(t, filled([]int{1, 2, 3}, 1), s, []int{2, 1}, c, api.Tensor{}, api.ErrShape)
+	backIs(t, filled([]int{1, 2, 3}, 1), s, nil, c, api.Tensor{}, api.ErrShape)
+	backIs(t, filled([]int{1, 2, 3}, 1), s, k, plane(1, 0, 1), api.Tensor{}, api.ErrShape)
+	for _, bad := range sample.NoShapes() { // ahead of all that does not go together
+		backIs(t, filled([]int{1, 2, 3}, 1), bad, k, c, api.Tensor{}, api.ErrForm)
+		backIs(t, filled(nil, 1), bad, nil, plane(1, 0, 1), api.Tensor{}, api.ErrForm)
+	}
+	backIs(t, filled([]int{1, 2, 3}, 1), []int{1, 1, 0}, k, c, api.Tensor{}, api.ErrForm)
+	backIs(t, filled([]int{1, 2, 3}, 1), []int{1, 17, 4096}, k, c, api.Tensor{}, api.ErrForm)
+	for _, v := range sample.NoWords() {
+		backIs(t, of([]int{1, 2, 3}, 1, 2, 3, 4, 5, v), s, k, c, api.Tensor{}, api.ErrForm)
+		backIs(t, of([]int{1, 3, 2}, v, 2, 3, 4, 5, 6), s, k, c, api.Tensor{}, api.ErrForm)
+	}
+}
+
+// P11.3
+
+func TestConvIsTheProductOfTheKernelsAndCols(t *testing.T) {
+	m := mixer.Mixer(115)
+	for _, g := range goings() {
+		for f := api.MinF; f <= api.MaxF; f++ {
+			x, w := sample.Tensor(&m, g.x, 42), sample.Tensor(&m, g.w, f)
+			told, e := conv.Conv(x, w, g.c, f)
+			cols, ce := conv.Cols(x, g.w[2:], g.c)
+			if ce != api.OK {
+				t.Fatalf("Cols(%v, %v): %v", x, g, ce)
+			}
+			var joined []int64
+			productE := api.OK
+			matrix := of([]int{g.w[0], cols.Shape[1]}, w.Data...)
+			for one := range slices.Chunk(cols.Data, cols.Shape[1]*cols.Shape[2]) {
+				p, pe := matmul.Mul(matrix, of(cols.Shape[1:], one...), f)
+				joined, productE = append(joined, p.Data...), max(productE, pe)
+			}
+			if e != productE || e == api.OK && !slices.Equal(told.Data, joined) {
+				t.Errorf("Conv(%v, %v, %v, %d): %v, %v; want %v, %v", x, w, g.c, f, told, e, joined, productE)
+			}
+		}
+	}
+}
+
+func TestBackOfColsIsEachWordAsOftenAsATapStandsOnIt(t *testing.T) {
+	m := mixer.Mixer(116)
+	for _, g := range goings() {
+		k, l := g.w[2:], g.x[2:]
+		often := make([]int64, sample.Count(l))
+		for _, tap := range indexes(k) {
+			for _, place := range indexes(places(l, k, g.c)) {
+				if where, within := stands(l, place, tap, g.c); within {
+					often[at(l, where)]++
+				}
+			}
+		}
+		x := sample.Tensor(&m, g.x, 40)
+		want := of(g.x, slices.Clone(x.Data)...)
+		for n := range want.Data {
+			want.Data[n] *= often[n%len(often)]
+		}
+		cols, e := conv.Cols(x, k, g.c)
+		if e != api.OK {
+			t.Fatalf("Cols(%v, %v): %v", x, g, e)
+		}
+		backIs(t, cols, g.x, k, g.c, want, api.OK)
+	}
+}
+
+func TestColsAndBackAreTurnsOfOneAnother(t *testing.T) {
+	m := mixer.Mixer(117)
+	sum := func(a, b api.Tensor) (all int64) {
+		for n := range a.Data {
+			all += a.Data[n] * b.Data[n]
+		}
+		return all
+	}
+	for _, g := range goings() {
+		x := sample.Tensor(&m, g.x, 20)
+		cols, ce := conv.Cols(x, g.w[2:], g.c)
+		y := sample.Tensor(&m, cols.Shape, 20)
+		back, be := conv.Back(y, g.x, g.w[2:], g.c)
+		if ce != api.OK || be != api.OK || sum(cols, y) != sum(x, back) {
+			t.Errorf("%v: %v, %v; %v, %v", g, cols, ce, back, be)
+		}
+	}
+}
+
+// R1, R2
+
+func TestNothingHandedInIsChangedOrKept(t *testing.T) {
+	m := mixer.Mixer(118)
+	for _, g := range goings() {
+		xs, ws := sample.Words(&m, sample.Count(g.x), 20), sample.Words(&m, sample.Count(g.w), 20)
+		cols := columns(of(g.x, xs...), g.w[2:], g.c)
+		for range 2 { // the second time, after the answers of the first were spoiled
+			x, w, a := sample.Roomy(g.x, xs), sample.Roomy(g.w, ws), sample.Roomy(cols.Shape, cols.Data)
+			k, s := append(slices.Clone(g.w[2:]), 91)[:len(g.w)-2], append(slices.Clone(g.x), 91)[:len(g.x)]
+			c := planeOf(append(slices.Clone(g.c.Stride), 91)[:len(k)], append(slices.Clone(g.c.Pad), 91)[:len(k)], append(slices.Clone(g.c.Dilation), 91)[:len(k)])
+			told, _ := conv.Conv(x, w, c, 20)
+			laid, _ := conv.Cols(x, k, c)
+			back, _ := conv.Back(a, s, k, c)
+			wantTold, _ := convolved(x, w, g.c, 20)
+			wantBack, _ := backed(cols, g.x, g.w[2:], g.c)
+			if !sample.Same(told, wantTold) || !sample.Same(laid, cols) || !sample.Same(back, wantBack) {
+				t.Errorf("%v: %v; %v; %v", g, told, laid, back)
+			}
+			for _, answer := range []api.Tensor{told, laid, back} {
+				sample.Spoil(answer)
+			}
+			asIs := sample.AsHandedIn(x, g.x, xs) && sample.AsHandedIn(w, g.w, ws) && sample.AsHandedIn(a, cols.Shape, cols.Data)
+			for _, list := range [][2][]int{{k, g.w[2:]}, {s, g.x}, {c.Stride, g.c.Stride}, {c.Pad, g.c.Pad}, {c.Dilation, g.c.Dilation}} {
+				asIs = asIs && slices.Equal(list[0][:len(list[0])+1], append(slices.Clone(list[1]), 91))
+			}
+			if !asIs {
+				t.Errorf("%v: handed in, now: %v, %v, %v, %v, %v, %v", g, x, w, a, k, s, c)
+			}
+		}
+	}
+}
+
+func TestSpoiledArgumentsLeaveAnswersAsTheyWere(t *testing.T) {
+	x, w, a := rising([]int{1, 1, 3}), of([]int{1, 1, 1}, 256), rising([]int{1, 1, 3})
+	c, k, s := line(1, 0, 1), []int{1}, []int{1, 1, 3}
+	told, _ := conv.Conv(x, w, c, 8)
+	laid, _ := conv.Cols(x, k, c)
+	back, _ := conv.Back(a, s, k, c)
+	for _, arg := range []api.Tensor{x, w, a, {Shape: s}, {Shape: k}, {Shape: c.Stride}, {Shape: c.Pad}, {Shape: c.Dilation}} {
+		sample.Spoil(arg)
+	}
+	for _, answer := range []api.Tensor{told, laid, back} {
+		if !sample.Same(answer, rising([]int{1, 1, 3})) {
+			t.Errorf("%v", answer)
+		}
+	}
+}
+
+func TestNothingHandedInIsChangedBesideAnError(t *testing.T) {
+	s, data := []int{1, 1, 3}, []int64{most, most, most}
+	x, w := sample.Roomy(s, data), sample.Roomy(s, data)
+	convIs(t, x, w, line(1, 0, 1), 8, api.Tensor{}, api.ErrOver)
+	convIs(t, x, w, line(1, 0, 2), 8, api.Tensor{}, api.ErrShape)
+	convIs(t, x, w, line(1, 4096, 1), 8, api.Tensor{}, api.ErrBudget)
+	convIs(t, x, w, line(1, 0, 0), 8, api.Tensor{}, api.ErrForm)
+	colsIs(t, x, []int{4}, line(1, 0, 1), api.Tensor{}, api.ErrShape)
+	colsIs(t, x, []int{1}, line(1, 4096, 1), api.Tensor{}, api.ErrBudget)
+	backIs(t, x, []int{1, 1, 3}, []int{2}, line(1, 0, 1), api.Tensor{}, api.ErrShape)
+	backIs(t, x, []int{1, 1, 1}, []int{3}, line(1, 1, 1), api.Tensor{}, api.ErrShape)
+	backIs(t, x, []int{1, 1, 1}, []int{1}, line(1, 1, 1), of([]int{1, 1, 1}, most), api.OK)
+	if !sample.AsHandedIn(x, s, data) || !sample.AsHandedIn(w, s, data) {
+		t.Errorf("%v, %v", x, w)
+	}
+}
+
+func TestAnEmptyListIsANilOne(t *testing.T) {
+	c := line(1, 0, 1)
+	c.Kernel = []int{}
+	x := rising([]int{1, 1, 3})
+	convIs(t, x, of([]int{1, 1, 1}, 256), c, 8, x, api.OK)
+	colsIs(t, x, []int{1}, c, x, api.OK)
+	backIs(t, x, []int{1, 1, 3}, []int{1}, c, x, api.OK)
+}

@@ -15,7 +15,11 @@ import (
 
 const most = sample.Most
 
-var of = sample.Of
+var (
+	of, filled, rising, signed  = sample.Of, sample.Filled, sample.Rising, sample.Signed
+	indexes, at, places, stands = sample.Indexes, sample.At, sample.Places, sample.Stands
+	line, plane, planeOf        = sample.Line, sample.Plane, sample.PlaneOf
+)
 
 func noCounts() []int { return []int{7, 33, 0, -1, 64, math.MinInt, math.MaxInt} }
 
@@ -43,100 +47,15 @@ func backIs(t *testing.T, from api.Tensor, s, k []int, c api.Conv, want api.Tens
 	}
 }
 
-// line is the numbers of one spatial dimension.
-func line(stride, pad, dilation int) api.Conv {
-	return api.Conv{Stride: []int{stride}, Pad: []int{pad}, Dilation: []int{dilation}}
-}
+// A going is one of sample's, of a type of its own, so that lists of more of them need no names of fields.
+type going sample.Going
 
-// plane is those of two, the same ones.
-func plane(stride, pad, dilation int) api.Conv {
-	return api.Conv{Stride: []int{stride, stride}, Pad: []int{pad, pad}, Dilation: []int{dilation, dilation}}
-}
-
-func planeOf(stride, pad, dilation []int) api.Conv {
-	return api.Conv{Stride: stride, Pad: pad, Dilation: dilation}
-}
-
-// A going is a shape that a kernel goes over.
-type going struct {
-	x, w []int
-	c    api.Conv
-}
-
-func goings() []going { return append(lines(), planes()...) }
-
-func lines() []going {
-	return []going{
-		{[]int{1, 1, 4}, []int{1, 1, 2}, line(1, 0, 1)}, {[]int{1, 1, 4}, []int{1, 1, 2}, line(1, 1, 1)}, {[]int{1, 1, 4}, []int{1, 1, 2}, line(2, 0, 1)},
-		{[]int{1, 2, 4}, []int{1, 2, 3}, line(1, 1, 1)}, {[]int{1, 1, 4}, []int{3, 1, 3}, line(1, 1, 1)}, {[]int{3, 1, 4}, []int{1, 1, 3}, line(1, 1, 1)}, {[]int{2, 3, 5}, []int{4, 3, 2}, line(1, 0, 1)}, {[]int{3, 2, 5}, []int{2, 2, 3}, line(2, 2, 1)}, // channels, kernels, examples
-		{[]int{1, 1, 5}, []int{1, 1, 1}, line(1, 0, 1)}, {[]int{2, 3, 5}, []int{2, 3, 1}, line(1, 2, 1)}, {[]int{1, 1, 1}, []int{1, 1, 1}, line(1, 0, 1)}, {[]int{2, 2, 4}, []int{3, 2, 1}, line(3, 1, 7)}, // of one tap
-		{[]int{1, 1, 4}, []int{1, 1, 4}, line(1, 0, 1)}, {[]int{2, 2, 3}, []int{2, 2, 7}, line(1, 2, 1)}, {[]int{1, 1, 1}, []int{1, 1, 5}, line(4, 2, 1)}, {[]int{1, 2, 5}, []int{1, 2, 4}, line(2, 1, 2)}, // as long as the padded row
-		{[]int{1, 1, 9}, []int{1, 1, 2}, line(4, 0, 1)}, {[]int{2, 2, 8}, []int{2, 2, 1}, line(3, 0, 1)}, {[]int{1, 2, 5}, []int{2, 2, 2}, line(5, 2, 1)}, {[]int{1, 1, 3}, []int{1, 1, 2}, line(4096, 0, 1)}, // strides above the kernel
-		{[]int{1, 1, 2}, []int{1, 1, 3}, line(1, 5, 1)}, {[]int{2, 2, 1}, []int{2, 2, 2}, line(1, 4, 1)}, {[]int{1, 2, 3}, []int{2, 2, 2}, line(3, 7, 2)}, {[]int{1, 1, 1}, []int{1, 1, 1}, line(2, 3, 1)}, {[]int{1, 1, 1}, []int{1, 1, 2}, line(4096, 4096, 1)}, // pads above the row
-		{[]int{1, 1, 6}, []int{1, 1, 2}, line(1, 0, 3)}, {[]int{2, 2, 7}, []int{2, 2, 3}, line(1, 1, 2)}, {[]int{1, 2, 5}, []int{2, 2, 3}, line(2, 4, 4)}, {[]int{1, 1, 1}, []int{1, 1, 3}, line(1, 4096, 4096)}, // dilations
-		{[]int{1, 1, 6}, []int{1, 1, 2}, line(3, 0, 1)}, {[]int{1, 2, 7}, []int{2, 2, 3}, line(3, 0, 1)}, {[]int{2, 1, 6}, []int{1, 1, 3}, line(2, 0, 1)}, {[]int{1, 1, 5}, []int{1, 1, 2}, line(2, 1, 2)}, // a last place that a stride leaves out
-	}
-}
-
-func planes() []going {
-	return []going{
-		{[]int{1, 1, 3, 4}, []int{1, 1, 2, 2}, plane(1, 0, 1)}, {[]int{1, 1, 3, 4}, []int{1, 1, 2, 3}, plane(1, 1, 1)}, {[]int{1, 1, 4, 3}, []int{1, 1, 3, 2}, plane(2, 1, 1)},
-		{[]int{1, 2, 3, 3}, []int{1, 2, 2, 2}, plane(1, 0, 1)}, {[]int{1, 1, 3, 3}, []int{3, 1, 2, 2}, plane(1, 0, 1)}, {[]int{3, 1, 3, 3}, []int{1, 1, 2, 2}, plane(1, 0, 1)}, {[]int{2, 3, 3, 2}, []int{2, 3, 2, 1}, plane(1, 1, 1)},
-		{[]int{1, 1, 3, 2}, []int{1, 1, 1, 1}, plane(1, 0, 1)}, {[]int{2, 2, 2, 3}, []int{2, 2, 1, 1}, plane(2, 1, 5)}, {[]int{1, 1, 1, 1}, []int{1, 1, 1, 1}, plane(1, 0, 1)},
-		{[]int{1, 1, 3, 4}, []int{1, 1, 3, 4}, plane(1, 0, 1)}, {[]int{1, 2, 2, 3}, []int{2, 2, 4, 5}, plane(1, 1, 1)}, {[]int{1, 1, 2, 3}, []int{1, 1, 2, 1}, plane(1, 0, 1)},
-		{[]int{1, 1, 5, 4}, []int{1, 1, 2, 1}, plane(3, 0, 1)}, {[]int{1, 2, 5, 6}, []int{2, 2, 1, 2}, planeOf([]int{2, 3}, []int{0, 1}, []int{1, 1})},
-		{[]int{1, 1, 1, 2}, []int{1, 1, 2, 2}, plane(1, 3, 1)}, {[]int{2, 2, 2, 1}, []int{1, 2, 2, 2}, planeOf([]int{1, 2}, []int{3, 2}, []int{1, 1})}, {[]int{1, 1, 2, 2}, []int{1, 1, 1, 2}, planeOf([]int{1, 1}, []int{4, 0}, []int{1, 1})}, {[]int{1, 1, 2, 2}, []int{1, 1, 2, 1}, planeOf([]int{1, 1}, []int{0, 4}, []int{1, 1})},
-		{[]int{1, 1, 5, 6}, []int{1, 1, 2, 3}, plane(1, 0, 2)}, {[]int{1, 2, 4, 3}, []int{2, 2, 2, 2}, planeOf([]int{2, 1}, []int{1, 2}, []int{3, 2})}, {[]int{1, 1, 1, 1}, []int{1, 1, 3, 3}, plane(1, 4096, 4096)},
-		{[]int{1, 1, 4, 4}, []int{1, 1, 1, 2}, planeOf([]int{3, 1}, []int{0, 0}, []int{1, 1})}, {[]int{1, 1, 6, 5}, []int{1, 1, 2, 2}, planeOf([]int{3, 2}, []int{0, 0}, []int{2, 1})}, {[]int{2, 1, 5, 1}, []int{1, 1, 2, 1}, planeOf([]int{2, 4096}, []int{0, 0}, []int{1, 1})},
-	}
-}
-
-// indexes are all of s, in order.
-func indexes(s []int) [][]int {
-	list := [][]int{nil}
-	for _, d := range s {
-		var longer [][]int
-		for _, i := range list {
-			for x := range d {
-				longer = append(longer, append(slices.Clone(i), x))
-			}
-		}
-		list = longer
+func goings() []going {
+	var list []going
+	for _, g := range sample.Goings() {
+		list = append(list, going(g))
 	}
 	return list
-}
-
-// at is the place of an index that is put together of lists.
-func at(s []int, parts ...[]int) int {
-	place := 0
-	for k, x := range slices.Concat(parts...) {
-		place = place*s[k] + x
-	}
-	return place
-}
-
-// places are as many along each dimension as there are with the last tap not behind the pad.
-func places(l, k []int, c api.Conv) []int {
-	var list []int
-	for d := range l {
-		n := 0
-		for n*c.Stride[d]+(k[d]-1)*c.Dilation[d]-c.Pad[d] < l[d]+c.Pad[d] {
-			n++
-		}
-		list = append(list, n)
-	}
-	return list
-}
-
-// stands is where a tap does at a place, and whether that is within.
-func stands(l, place, tap []int, c api.Conv) ([]int, bool) {
-	var where []int
-	within := true
-	for d := range l {
-		x := place[d]*c.Stride[d] + tap[d]*c.Dilation[d] - c.Pad[d]
-		where, within = append(where, x), within && 0 <= x && x < l[d]
-	}
-	return where, within
 }
 
 // rounded is the floor of n / 2^f and a half, less 1 if that is a half and odd.
@@ -228,31 +147,6 @@ func convHolds(t *testing.T, x, w api.Tensor, c api.Conv, f int) {
 	convIs(t, x, w, c, f, want, e)
 }
 
-// filled is a tensor of one word everywhere.
-func filled(s []int, v int64) api.Tensor {
-	return api.Tensor{Shape: s, Data: slices.Repeat([]int64{v}, sample.Count(s))}
-}
-
-// rising is 1, 2, 3 and so on.
-func rising(s []int) api.Tensor {
-	a := filled(s, 0)
-	for n := range a.Data {
-		a.Data[n] = int64(n + 1)
-	}
-	return a
-}
-
-// signed has the greatest and the least word alone.
-func signed(m *mixer.Mixer, s []int) api.Tensor {
-	a := filled(s, most)
-	for n := range a.Data {
-		if m.Below(2) == 0 {
-			a.Data[n] = -most
-		}
-	}
-	return a
-}
-
 // P11.1
 
 func TestConvsOfAllShapesAndFractions(t *testing.T) {
@@ -260,9 +154,9 @@ func TestConvsOfAllShapesAndFractions(t *testing.T) {
 	for _, g := range goings() {
 		for f := api.MinF; f <= api.MaxF; f++ {
 			for _, bits := range []int{3, f, 40, 47} { // with the longest ones most sums are no words
-				convHolds(t, sample.Tensor(&m, g.x, bits), sample.Tensor(&m, g.w, f), g.c, f)
+				convHolds(t, sample.Tensor(&m, g.X, bits), sample.Tensor(&m, g.W, f), g.C, f)
 			}
-			convHolds(t, sample.Tensor(&m, g.x, 5), sample.Tensor(&m, g.w, 47), g.c, f)
+			convHolds(t, sample.Tensor(&m, g.X, 5), sample.Tensor(&m, g.W, 47), g.C, f)
 		}
 	}
 }
@@ -272,11 +166,11 @@ func TestConvsOfTheGreatestAndTheLeastWords(t *testing.T) {
 	for _, g := range goings() {
 		for _, f := range []int{8, 9, 16, 31, 32} {
 			for _, v := range []int64{most, -most, 1 << f, -1 << f, 1 << (f - 1), 1, 0} {
-				convHolds(t, filled(g.x, v), filled(g.w, most), g.c, f)
-				convHolds(t, filled(g.x, -most), filled(g.w, v), g.c, f)
-				convHolds(t, signed(&m, g.x), filled(g.w, v), g.c, f)
+				convHolds(t, filled(g.X, v), filled(g.W, most), g.C, f)
+				convHolds(t, filled(g.X, -most), filled(g.W, v), g.C, f)
+				convHolds(t, signed(&m, g.X), filled(g.W, v), g.C, f)
 			}
-			convHolds(t, signed(&m, g.x), signed(&m, g.w), g.c, f)
+			convHolds(t, signed(&m, g.X), signed(&m, g.W), g.C, f)
 		}
 	}
 }
@@ -402,12 +296,12 @@ func TestWordsJustBelowAndJustAbove(t *testing.T) {
 
 func TestAnyWordsErrorIsTold(t *testing.T) {
 	for _, g := range goings() {
-		for n := range sample.Count(g.x) {
-			x := filled(g.x, 1)
+		for n := range sample.Count(g.X) {
+			x := filled(g.X, 1)
 			x.Data[n] = most
-			convHolds(t, x, filled(g.w, 512), g.c, 8)
+			convHolds(t, x, filled(g.W, 512), g.C, 8)
 			x.Data[n] = -most
-			convHolds(t, x, filled(g.w, 512), g.c, 8)
+			convHolds(t, x, filled(g.W, 512), g.C, 8)
 		}
 	}
 	ones := []int{1, 1, 1}
@@ -435,22 +329,12 @@ func TestExamples(t *testing.T) {
 	convIs(t, x, w, line(2, 0, 1), 8, of([]int{1, 1, 2}, 3, 7), api.OK)
 }
 
-// noNumbers are a convolution's but for one thing.
+// noNumbers are a convolution's but for one thing, a Kernel too.
 func noNumbers() []api.Conv {
 	one, none, ones, nones := []int{1}, []int{0}, []int{1, 1}, []int{0, 0}
-	list := []api.Conv{
-		{}, {Stride: []int{}, Pad: []int{}, Dilation: []int{}}, planeOf(nil, none, one), planeOf(one, nil, one), planeOf(one, none, nil), planeOf(nil, nones, ones), planeOf(ones, nil, ones), planeOf(ones, nones, nil),
-		planeOf(ones, none, one), planeOf(one, nones, one), planeOf(one, none, ones), planeOf(one, nones, ones), planeOf(ones, none, ones), planeOf(ones, nones, one),
-		planeOf([]int{1, 1, 1}, []int{0, 0, 0}, []int{1, 1, 1}), planeOf([]int{1, 1, 1}, nones, ones), planeOf(ones, []int{0, 0, 0}, ones), planeOf(ones, nones, []int{1, 1, 1}), planeOf([]int{1, 1, 1, 1}, []int{0, 0, 0, 0}, []int{1, 1, 1, 1}),
+	return append(sample.NoNumbers(), []api.Conv{
 		{Kernel: one, Stride: one, Pad: none, Dilation: one}, {Kernel: ones, Stride: ones, Pad: nones, Dilation: ones}, {Kernel: one, Stride: ones, Pad: nones, Dilation: ones}, {Kernel: none, Stride: one, Pad: none, Dilation: one},
-	}
-	for _, v := range []int{0, -1, 4097, math.MinInt, math.MaxInt} {
-		list = append(list, line(v, 0, 1), line(1, 0, v), planeOf([]int{v, 1}, nones, ones), planeOf([]int{1, v}, nones, ones), planeOf(ones, nones, []int{v, 1}), planeOf(ones, nones, []int{1, v}))
-		if v != 0 {
-			list = append(list, line(1, v, 1), planeOf(ones, []int{v, 0}, ones), planeOf(ones, []int{0, v}, ones))
-		}
-	}
-	return list
+	}...)
 }
 
 // noGoings are what does not go together.
@@ -475,32 +359,32 @@ func longGoings() []going {
 
 func TestConvsOfWhatDoesNotGoTogether(t *testing.T) {
 	for _, g := range noGoings() {
-		convIs(t, filled(g.x, 1), filled(g.w, 1), g.c, 8, api.Tensor{}, api.ErrShape)
-		convIs(t, filled(g.x, most), filled(g.w, most), g.c, 8, api.Tensor{}, api.ErrShape) // with sums that are no words
+		convIs(t, filled(g.X, 1), filled(g.W, 1), g.C, 8, api.Tensor{}, api.ErrShape)
+		convIs(t, filled(g.X, most), filled(g.W, most), g.C, 8, api.Tensor{}, api.ErrShape) // with sums that are no words
 	}
 }
 
 func TestConvsThatHaveTooManyWords(t *testing.T) {
 	for _, g := range longGoings() {
-		convIs(t, filled(g.x, 1), filled(g.w, 1), g.c, 8, api.Tensor{}, api.ErrBudget)
-		convIs(t, filled(g.x, most), filled(g.w, most), g.c, 8, api.Tensor{}, api.ErrBudget)
+		convIs(t, filled(g.X, 1), filled(g.W, 1), g.C, 8, api.Tensor{}, api.ErrBudget)
+		convIs(t, filled(g.X, most), filled(g.W, most), g.C, 8, api.Tensor{}, api.ErrBudget)
 	}
 	convIs(t, filled([]int{1, 1, 1}, 3), filled([]int{1, 1, 1}, 256), line(2, 4095, 1), 8, filled([]int{1, 1, 4096}, 0), api.OK) // as many as there may be
 	// with channels that are not one, too
 	for _, g := range longGoings() {
-		wrong := slices.Clone(g.w)
+		wrong := slices.Clone(g.W)
 		wrong[1]++
 		if sample.Count(wrong) <= api.MaxElems {
-			convIs(t, filled(g.x, 1), filled(wrong, 1), g.c, 8, api.Tensor{}, api.ErrShape)
+			convIs(t, filled(g.X, 1), filled(wrong, 1), g.C, 8, api.Tensor{}, api.ErrShape)
 		}
 	}
 }
 
 func TestNumbersThatAreNone(t *testing.T) {
-	all := slices.Concat(goings()[:3], planes()[:3], noGoings(), longGoings())
+	all := slices.Concat(goings(), noGoings(), longGoings())
 	for _, c := range noNumbers() {
 		for _, g := range all {
-			convIs(t, filled(g.x, most), filled(g.w, most), c, 8, api.Tensor{}, api.ErrForm)
+			convIs(t, filled(g.X, most), filled(g.W, most), c, 8, api.Tensor{}, api.ErrForm)
 		}
 		for _, s := range [][]int{nil, {4}, {1, 4}, {1, 1, 4}, {1, 1, 4, 4}} {
 			for _, k := range [][]int{nil, {1}, {5}, {1, 1}, {5, 5}, {1, 1, 1}} {
@@ -513,20 +397,20 @@ func TestNumbersThatAreNone(t *testing.T) {
 
 func TestErrorsOfConvInTheirOrder(t *testing.T) {
 	for _, g := range slices.Concat(goings(), noGoings(), longGoings()) {
-		x, w := filled(g.x, most), filled(g.w, most)
+		x, w := filled(g.X, most), filled(g.W, most)
 		for _, f := range noCounts() {
-			convIs(t, x, w, g.c, f, api.Tensor{}, api.ErrForm)
+			convIs(t, x, w, g.C, f, api.Tensor{}, api.ErrForm)
 		}
 		for _, v := range sample.NoWords() {
 			for _, n := range []int{0, len(x.Data) / 2, len(x.Data) - 1} {
-				bad := of(g.x, slices.Clone(x.Data)...)
+				bad := of(g.X, slices.Clone(x.Data)...)
 				bad.Data[n] = v
-				convIs(t, bad, w, g.c, 8, api.Tensor{}, api.ErrForm)
+				convIs(t, bad, w, g.C, 8, api.Tensor{}, api.ErrForm)
 			}
 			for _, n := range []int{0, len(w.Data) / 2, len(w.Data) - 1} {
-				bad := of(g.w, slices.Clone(w.Data)...)
+				bad := of(g.W, slices.Clone(w.Data)...)
 				bad.Data[n] = v
-				convIs(t, x, bad, g.c, 8, api.Tensor{}, api.ErrForm)
+				convIs(t, x, bad, g.C, 8, api.Tensor{}, api.ErrForm)
 			}
 		}
 	}
@@ -553,11 +437,11 @@ func TestColsOfAllShapes(t *testing.T) {
 	m := mixer.Mixer(113)
 	for _, g := range goings() {
 		for range 3 {
-			x := sample.Tensor(&m, g.x, 47)
-			colsIs(t, x, g.w[2:], g.c, columns(x, g.w[2:], g.c), api.OK)
+			x := sample.Tensor(&m, g.X, 47)
+			colsIs(t, x, g.W[2:], g.C, columns(x, g.W[2:], g.C), api.OK)
 		}
-		x := signed(&m, g.x)
-		colsIs(t, x, g.w[2:], g.c, columns(x, g.w[2:], g.c), api.OK)
+		x := signed(&m, g.X)
+		colsIs(t, x, g.W[2:], g.C, columns(x, g.W[2:], g.C), api.OK)
 	}
 }
 
@@ -615,14 +499,14 @@ func longColumns() []going {
 
 func TestColsThatHaveTooManyWords(t *testing.T) {
 	for _, g := range longColumns() {
-		colsIs(t, filled(g.x, most), g.w, g.c, api.Tensor{}, api.ErrBudget)
+		colsIs(t, filled(g.X, most), g.W, g.C, api.Tensor{}, api.ErrBudget)
 		for _, v := range sample.NoWords() {
-			bad := filled(g.x, most)
+			bad := filled(g.X, most)
 			bad.Data[len(bad.Data)-1] = v
-			colsIs(t, bad, g.w, g.c, api.Tensor{}, api.ErrForm)
+			colsIs(t, bad, g.W, g.C, api.Tensor{}, api.ErrForm)
 		}
-		for _, s := range [][]int{{1, 1, 1}, {16, 64, 64}, {16, 4096}, {16, 16, 256}, nil, g.x} {
-			backIs(t, filled(s, most), g.x, g.w, g.c, api.Tensor{}, api.ErrShape) // no tensor has the shape that is none
+		for _, s := range [][]int{{1, 1, 1}, {16, 64, 64}, {16, 4096}, {16, 16, 256}, nil, g.X} {
+			backIs(t, filled(s, most), g.X, g.W, g.C, api.Tensor{}, api.ErrShape) // no tensor has the shape that is none
 		}
 	}
 	colsIs(t, filled([]int{1, 1, 4096}, 3), []int{1}, line(1, 0, 1), filled([]int{1, 1, 4096}, 3), api.OK)
@@ -634,16 +518,16 @@ func TestColsThatHaveTooManyWords(t *testing.T) {
 func TestBacksOfAllShapes(t *testing.T) {
 	m := mixer.Mixer(114)
 	for _, g := range goings() {
-		k := g.w[2:]
-		s := []int{g.x[0], g.x[1] * sample.Count(k), sample.Count(places(g.x[2:], k, g.c))}
+		k := g.W[2:]
+		s := []int{g.X[0], g.X[1] * sample.Count(k), sample.Count(places(g.X[2:], k, g.C))}
 		for _, bits := range []int{4, 30, 47, 47} { // with the longest ones some sums are no words
 			a := sample.Tensor(&m, s, bits)
-			want, e := backed(a, g.x, k, g.c)
-			backIs(t, a, g.x, k, g.c, want, e)
+			want, e := backed(a, g.X, k, g.C)
+			backIs(t, a, g.X, k, g.C, want, e)
 		}
 		for _, a := range []api.Tensor{filled(s, most), filled(s, -most), filled(s, 1<<46), filled(s, 1), filled(s, 0), signed(&m, s)} {
-			want, e := backed(a, g.x, k, g.c)
-			backIs(t, a, g.x, k, g.c, want, e)
+			want, e := backed(a, g.X, k, g.C)
+			backIs(t, a, g.X, k, g.C, want, e)
 		}
 	}
 }
@@ -718,21 +602,21 @@ func TestConvIsTheProductOfTheKernelsAndCols(t *testing.T) {
 	m := mixer.Mixer(115)
 	for _, g := range goings() {
 		for f := api.MinF; f <= api.MaxF; f++ {
-			x, w := sample.Tensor(&m, g.x, 42), sample.Tensor(&m, g.w, f)
-			told, e := conv.Conv(x, w, g.c, f)
-			cols, ce := conv.Cols(x, g.w[2:], g.c)
+			x, w := sample.Tensor(&m, g.X, 42), sample.Tensor(&m, g.W, f)
+			told, e := conv.Conv(x, w, g.C, f)
+			cols, ce := conv.Cols(x, g.W[2:], g.C)
 			if ce != api.OK {
 				t.Fatalf("Cols(%v, %v): %v", x, g, ce)
 			}
 			var joined []int64
 			productE := api.OK
-			matrix := of([]int{g.w[0], cols.Shape[1]}, w.Data...)
+			matrix := of([]int{g.W[0], cols.Shape[1]}, w.Data...)
 			for one := range slices.Chunk(cols.Data, cols.Shape[1]*cols.Shape[2]) {
 				p, pe := matmul.Mul(matrix, of(cols.Shape[1:], one...), f)
 				joined, productE = append(joined, p.Data...), max(productE, pe)
 			}
 			if e != productE || e == api.OK && !slices.Equal(told.Data, joined) {
-				t.Errorf("Conv(%v, %v, %v, %d): %v, %v; want %v, %v", x, w, g.c, f, told, e, joined, productE)
+				t.Errorf("Conv(%v, %v, %v, %d): %v, %v; want %v, %v", x, w, g.C, f, told, e, joined, productE)
 			}
 		}
 	}
@@ -741,25 +625,25 @@ func TestConvIsTheProductOfTheKernelsAndCols(t *testing.T) {
 func TestBackOfColsIsEachWordAsOftenAsATapStandsOnIt(t *testing.T) {
 	m := mixer.Mixer(116)
 	for _, g := range goings() {
-		k, l := g.w[2:], g.x[2:]
+		k, l := g.W[2:], g.X[2:]
 		often := make([]int64, sample.Count(l))
 		for _, tap := range indexes(k) {
-			for _, place := range indexes(places(l, k, g.c)) {
-				if where, within := stands(l, place, tap, g.c); within {
+			for _, place := range indexes(places(l, k, g.C)) {
+				if where, within := stands(l, place, tap, g.C); within {
 					often[at(l, where)]++
 				}
 			}
 		}
-		x := sample.Tensor(&m, g.x, 40)
-		want := of(g.x, slices.Clone(x.Data)...)
+		x := sample.Tensor(&m, g.X, 40)
+		want := of(g.X, slices.Clone(x.Data)...)
 		for n := range want.Data {
 			want.Data[n] *= often[n%len(often)]
 		}
-		cols, e := conv.Cols(x, k, g.c)
+		cols, e := conv.Cols(x, k, g.C)
 		if e != api.OK {
 			t.Fatalf("Cols(%v, %v): %v", x, g, e)
 		}
-		backIs(t, cols, g.x, k, g.c, want, api.OK)
+		backIs(t, cols, g.X, k, g.C, want, api.OK)
 	}
 }
 
@@ -772,10 +656,10 @@ func TestColsAndBackAreTurnsOfOneAnother(t *testing.T) {
 		return all
 	}
 	for _, g := range goings() {
-		x := sample.Tensor(&m, g.x, 20)
-		cols, ce := conv.Cols(x, g.w[2:], g.c)
+		x := sample.Tensor(&m, g.X, 20)
+		cols, ce := conv.Cols(x, g.W[2:], g.C)
 		y := sample.Tensor(&m, cols.Shape, 20)
-		back, be := conv.Back(y, g.x, g.w[2:], g.c)
+		back, be := conv.Back(y, g.X, g.W[2:], g.C)
 		if ce != api.OK || be != api.OK || sum(cols, y) != sum(x, back) {
 			t.Errorf("%v: %v, %v; %v, %v", g, cols, ce, back, be)
 		}
@@ -787,25 +671,25 @@ func TestColsAndBackAreTurnsOfOneAnother(t *testing.T) {
 func TestNothingHandedInIsChangedOrKept(t *testing.T) {
 	m := mixer.Mixer(118)
 	for _, g := range goings() {
-		xs, ws := sample.Words(&m, sample.Count(g.x), 20), sample.Words(&m, sample.Count(g.w), 20)
-		cols := columns(of(g.x, xs...), g.w[2:], g.c)
+		xs, ws := sample.Words(&m, sample.Count(g.X), 20), sample.Words(&m, sample.Count(g.W), 20)
+		cols := columns(of(g.X, xs...), g.W[2:], g.C)
 		for range 2 { // the second time, after the answers of the first were spoiled
-			x, w, a := sample.Roomy(g.x, xs), sample.Roomy(g.w, ws), sample.Roomy(cols.Shape, cols.Data)
-			k, s := append(slices.Clone(g.w[2:]), 91)[:len(g.w)-2], append(slices.Clone(g.x), 91)[:len(g.x)]
-			c := planeOf(append(slices.Clone(g.c.Stride), 91)[:len(k)], append(slices.Clone(g.c.Pad), 91)[:len(k)], append(slices.Clone(g.c.Dilation), 91)[:len(k)])
+			x, w, a := sample.Roomy(g.X, xs), sample.Roomy(g.W, ws), sample.Roomy(cols.Shape, cols.Data)
+			k, s := append(slices.Clone(g.W[2:]), 91)[:len(g.W)-2], append(slices.Clone(g.X), 91)[:len(g.X)]
+			c := planeOf(append(slices.Clone(g.C.Stride), 91)[:len(k)], append(slices.Clone(g.C.Pad), 91)[:len(k)], append(slices.Clone(g.C.Dilation), 91)[:len(k)])
 			told, _ := conv.Conv(x, w, c, 20)
 			laid, _ := conv.Cols(x, k, c)
 			back, _ := conv.Back(a, s, k, c)
-			wantTold, _ := convolved(x, w, g.c, 20)
-			wantBack, _ := backed(cols, g.x, g.w[2:], g.c)
+			wantTold, _ := convolved(x, w, g.C, 20)
+			wantBack, _ := backed(cols, g.X, g.W[2:], g.C)
 			if !sample.Same(told, wantTold) || !sample.Same(laid, cols) || !sample.Same(back, wantBack) {
 				t.Errorf("%v: %v; %v; %v", g, told, laid, back)
 			}
 			for _, answer := range []api.Tensor{told, laid, back} {
 				sample.Spoil(answer)
 			}
-			asIs := sample.AsHandedIn(x, g.x, xs) && sample.AsHandedIn(w, g.w, ws) && sample.AsHandedIn(a, cols.Shape, cols.Data)
-			for _, list := range [][2][]int{{k, g.w[2:]}, {s, g.x}, {c.Stride, g.c.Stride}, {c.Pad, g.c.Pad}, {c.Dilation, g.c.Dilation}} {
+			asIs := sample.AsHandedIn(x, g.X, xs) && sample.AsHandedIn(w, g.W, ws) && sample.AsHandedIn(a, cols.Shape, cols.Data)
+			for _, list := range [][2][]int{{k, g.W[2:]}, {s, g.X}, {c.Stride, g.C.Stride}, {c.Pad, g.C.Pad}, {c.Dilation, g.C.Dilation}} {
 				asIs = asIs && slices.Equal(list[0][:len(list[0])+1], append(slices.Clone(list[1]), 91))
 			}
 			if !asIs {

@@ -14,7 +14,10 @@ import (
 
 const most = sample.Most
 
-var of, row = sample.Of, sample.Row
+var (
+	of, row, filled, signed = sample.Of, sample.Row, sample.Filled, sample.Signed
+	indexes, at             = sample.Indexes, sample.At
+)
 
 func noCounts() []int { return []int{7, 33, 0, -1, 64, math.MinInt, math.MaxInt} }
 
@@ -47,30 +50,6 @@ func pairs() []pair {
 		{[]int{2, 3, 2, 2}, []int{2, 3}}, {[]int{1, 2, 1, 3}, []int{3, 2}}, {[]int{2, 1, 3, 1}, []int{1, 2}}, {[]int{1, 1, 1, 1}, []int{1, 1}},
 		{[]int{2, 3, 2, 2}, []int{2, 3, 2, 3}}, {[]int{1, 2, 1, 3}, []int{1, 2, 3, 2}}, {[]int{2, 1, 3, 1}, []int{2, 1, 1, 2}}, {[]int{1, 1, 1, 1}, []int{1, 1, 1, 1}}, {[]int{3, 2, 4, 2}, []int{3, 2, 2, 1}},
 	}
-}
-
-// at is the place of an index.
-func at(s, i []int) int {
-	place := 0
-	for k, d := range s {
-		place = place*d + i[k]
-	}
-	return place
-}
-
-// indexes are all of s, in order.
-func indexes(s []int) [][]int {
-	list := [][]int{nil}
-	for _, d := range s {
-		var longer [][]int
-		for _, i := range list {
-			for x := range d {
-				longer = append(longer, append(slices.Clone(i), x))
-			}
-		}
-		list = longer
-	}
-	return list
 }
 
 // rounded is the floor of n / 2^f and a half, less 1 if that is a half and odd.
@@ -112,22 +91,6 @@ func holds(t *testing.T, a, b api.Tensor, f int) {
 	t.Helper()
 	want, e := product(a, b, f)
 	mulIs(t, a, b, f, want, e)
-}
-
-// filled is a tensor of one word everywhere.
-func filled(s []int, v int64) api.Tensor {
-	return api.Tensor{Shape: s, Data: slices.Repeat([]int64{v}, sample.Count(s))}
-}
-
-// signed has the greatest and the least word alone.
-func signed(m *mixer.Mixer, s []int) api.Tensor {
-	a := filled(s, most)
-	for n := range a.Data {
-		if m.Below(2) == 0 {
-			a.Data[n] = -most
-		}
-	}
-	return a
 }
 
 // P10.1

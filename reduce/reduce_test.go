@@ -14,7 +14,7 @@ import (
 
 const most = sample.Most
 
-var of, row = sample.Of, sample.Row
+var of, row, filled = sample.Of, sample.Row, sample.Filled
 
 func isTold(t *testing.T, what string, from api.Tensor, axes []int, got api.Tensor, e api.Errno, want api.Tensor, wantE api.Errno) {
 	t.Helper()
@@ -159,11 +159,6 @@ func holds(t *testing.T, from api.Tensor, axes []int) {
 	maxIs(t, from, axes[0], want, picks, api.OK)
 }
 
-// filled is a tensor of one word everywhere.
-func filled(s []int, v int64) api.Tensor {
-	return api.Tensor{Shape: s, Data: slices.Repeat([]int64{v}, sample.Count(s))}
-}
-
 func allShapes() [][]int {
 	return append(sample.Shapes(), []int{2, 2, 2}, []int{3, 2, 4, 5}, []int{1, 1}, []int{7, 1, 1, 2}, []int{256, 256})
 }
@@ -184,12 +179,7 @@ func TestAllTensorsByAllAxes(t *testing.T) {
 func TestAllTensorsOfTheGreatestAndTheLeastWords(t *testing.T) {
 	m := mixer.Mixer(92)
 	for _, s := range allShapes() {
-		mixed := filled(s, most)
-		for n := range mixed.Data {
-			if m.Below(2) == 0 {
-				mixed.Data[n] = -most
-			}
-		}
+		mixed := sample.Signed(&m, s)
 		for _, axes := range lotsOf(len(s)) {
 			holds(t, filled(s, most), axes)
 			holds(t, filled(s, -most), axes)

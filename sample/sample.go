@@ -41,6 +41,30 @@ func Count(s []int) int {
 	return n
 }
 
+// Indexes are all of s, in order.
+func Indexes(s []int) [][]int {
+	list := [][]int{nil}
+	for _, d := range s {
+		var longer [][]int
+		for _, i := range list {
+			for x := range d {
+				longer = append(longer, append(slices.Clone(i), x))
+			}
+		}
+		list = longer
+	}
+	return list
+}
+
+// At is the place of an index that is put together of lists.
+func At(s []int, parts ...[]int) int {
+	place := 0
+	for k, x := range slices.Concat(parts...) {
+		place = place*s[k] + x
+	}
+	return place
+}
+
 // Words are n of them, of up to so many bits.
 func Words(m *mixer.Mixer, n, bits int) []int64 {
 	list := make([]int64, n)
@@ -55,6 +79,31 @@ func Words(m *mixer.Mixer, n, bits int) []int64 {
 
 func Tensor(m *mixer.Mixer, s []int, bits int) api.Tensor {
 	return api.Tensor{Shape: s, Data: Words(m, Count(s), bits)}
+}
+
+// Filled is a tensor of one word everywhere.
+func Filled(s []int, v int64) api.Tensor {
+	return api.Tensor{Shape: s, Data: slices.Repeat([]int64{v}, Count(s))}
+}
+
+// Rising is 1, 2, 3 and so on.
+func Rising(s []int) api.Tensor {
+	a := Filled(s, 0)
+	for n := range a.Data {
+		a.Data[n] = int64(n + 1)
+	}
+	return a
+}
+
+// Signed has the greatest and the least word alone.
+func Signed(m *mixer.Mixer, s []int) api.Tensor {
+	a := Filled(s, Most)
+	for n := range a.Data {
+		if m.Below(2) == 0 {
+			a.Data[n] = -Most
+		}
+	}
+	return a
 }
 
 // NoTensors are tensors but for one thing, shapes, how many words, or a word that is none.

@@ -61,3 +61,33 @@ func TestAsHandedIn(t *testing.T) {
 		t.Errorf("Spoil reaches what Roomy was handed: %v, %v", s, data)
 	}
 }
+
+func TestFilledRisingAndSigned(t *testing.T) {
+	m := mixer.Mixer(3)
+	s := []int{2, 3}
+	if a := sample.Filled(s, -4); !sample.Same(a, sample.Of(s, -4, -4, -4, -4, -4, -4)) {
+		t.Error(a)
+	}
+	if a := sample.Rising(s); !sample.Same(a, sample.Of(s, 1, 2, 3, 4, 5, 6)) {
+		t.Error(a)
+	}
+	a := sample.Signed(&m, []int{64})
+	ends := slices.Compact(slices.Sorted(slices.Values(a.Data)))
+	if len(a.Data) != 64 || !slices.Equal(ends, []int64{-sample.Most, sample.Most}) {
+		t.Error(a)
+	}
+}
+
+func TestIndexesStandInOrder(t *testing.T) {
+	for _, s := range [][]int{nil, {1}, {3}, {2, 3}, {2, 1, 4}, {2, 3, 1, 2}} {
+		list := sample.Indexes(s)
+		if len(list) != sample.Count(s) {
+			t.Errorf("%v: %v", s, list)
+		}
+		for n, i := range list {
+			if len(i) != len(s) || sample.At(s, i) != n || len(i) > 0 && sample.At(s, i[:1], i[1:]) != n {
+				t.Errorf("%v: %v at %d", s, i, n)
+			}
+		}
+	}
+}

@@ -7,11 +7,11 @@ import (
 	"ratchet/api"
 )
 
-// A Window is a kernel that goes over the words of one channel of one example, Words of them, on which it has Places along each spatial dimension, Count together. It has so many Taps.
+// A Window is a kernel that goes over the words of one channel of one example, Words of them, on which it has Places along each spatial dimension, Count together. It has so many Taps. Of one spatial dimension there is a single row, which Rows go over by a kernel of one row.
 type Window struct {
 	Places             []int
 	Count, Taps, Words int
-	rows, columns      line
+	Rows, Columns      Line
 }
 
 // AreNumbers is whether Stride, Pad and Dilation are what a convolution's or a pool's may be; Kernel is the caller's to look at.
@@ -41,19 +41,18 @@ func Of(s, kernel []int, c api.Conv) (Window, api.Errno) {
 	if len(kernel) != spatial || len(c.Stride) != spatial {
 		return Window{}, api.ErrShape
 	}
-	// One spatial dimension is a single row that a kernel of one row goes over.
-	lines := [2]line{newLine(1, 1, 1, 0, 1)}
+	lines := [2]Line{newLine(1, 1, 1, 0, 1)}
 	w := Window{Count: 1, Taps: 1, Words: 1}
 	for d, taps := range kernel {
 		l := newLine(s[2+d], taps, c.Stride[d], c.Pad[d], c.Dilation[d])
-		if l.places == 0 {
+		if l.Places == 0 {
 			return Window{}, api.ErrShape
 		}
-		w.Places = append(w.Places, l.places)
-		w.Count, w.Taps, w.Words = w.Count*l.places, w.Taps*l.taps, w.Words*l.length
+		w.Places = append(w.Places, l.Places)
+		w.Count, w.Taps, w.Words = w.Count*l.Places, w.Taps*l.taps, w.Words*l.Length
 		lines[2-spatial+d] = l
 	}
-	w.rows, w.columns = lines[0], lines[1]
+	w.Rows, w.Columns = lines[0], lines[1]
 	return w, api.OK
 }
 
@@ -61,15 +60,15 @@ func Of(s, kernel []int, c api.Conv) (Window, api.Errno) {
 func (w Window) Within(place int) iter.Seq2[int, int] {
 	return func(yield func(int, int) bool) {
 	rows:
-		for row := range w.rows.at(place / w.columns.places) {
+		for row := range w.Rows.at(place / w.Columns.Places) {
 			if !row.within {
 				continue rows
 			}
-			for column := range w.columns.at(place % w.columns.places) {
+			for column := range w.Columns.at(place % w.Columns.Places) {
 				if !column.within {
 					continue
 				}
-				if !yield(row.place*w.columns.length+column.place, row.number*w.columns.taps+column.number) {
+				if !yield(row.place*w.Columns.Length+column.place, row.number*w.Columns.taps+column.number) {
 					return
 				}
 			}

@@ -136,6 +136,65 @@ func TestWithinIsLeft(t *testing.T) {
 	}
 }
 
+func TestWindowsOfALine(t *testing.T) {
+	for _, c := range []struct {
+		length, taps, stride, pad, dilation int
+		want                                [][]int
+	}{
+		{4, 2, 1, 0, 1, [][]int{{0, 1}, {1, 2}, {2, 3}}}, {4, 2, 1, 1, 1, [][]int{{0}, {0, 1}, {1, 2}, {2, 3}, {3}}}, {5, 2, 3, 0, 1, [][]int{{0, 1}, {3, 4}}}, {6, 2, 3, 0, 1, [][]int{{0, 1}, {3, 4}}}, {3, 1, 1, 0, 7, [][]int{{0}, {1}, {2}}}, {3, 3, 1, 0, 1, [][]int{{0, 1, 2}}},
+		{5, 3, 1, 1, 2, [][]int{{1, 3}, {0, 2, 4}, {1, 3}}}, {1, 3, 1, 4096, 4096, [][]int{{0}}}, {2, 1, 1, 2, 1, [][]int{{}, {}, {0}, {1}, {}, {}}}, {2, 2, 1, 2, 3, [][]int{{1}, {}, {0}}}, {2, 2, 2, 3, 4, [][]int{{1}, {}}},
+	} {
+		ones, none := []int{1, 1}, []int{0, 0}
+		of := func(s, kernel []int, d int) window.Window {
+			stride, pad, dilate := slices.Clone(ones), slices.Clone(none), slices.Clone(ones)
+			stride[d], pad[d], dilate[d] = c.stride, c.pad, c.dilation
+			w, e := window.Of(s, kernel, numbers(stride, pad, dilate))
+			if e != api.OK {
+				t.Fatalf("%v: %v", c, e)
+			}
+			return w
+		}
+		row, e := window.Of([]int{1, 1, c.length}, []int{c.taps}, numbers([]int{c.stride}, []int{c.pad}, []int{c.dilation}))
+		rows, columns := of([]int{1, 1, c.length, 2}, []int{c.taps, 2}, 0), of([]int{1, 1, 2, c.length}, []int{2, c.taps}, 1)
+		if e != api.OK || row.Rows.Length != 1 || row.Rows.Places != 1 || rows.Columns.Length != 2 || rows.Columns.Places != 1 || columns.Rows.Length != 2 || columns.Rows.Places != 1 {
+			t.Errorf("%v: %v, %v, %v", c, row, rows, columns)
+		}
+		for _, l := range []window.Line{row.Columns, rows.Rows, columns.Columns} {
+			got := slices.Collect(l.Windows())
+			if l.Length != c.length || l.Places != len(c.want) || !slices.EqualFunc(got, c.want, slices.Equal[[]int]) {
+				t.Errorf("%v: %v, %v", c, l, got)
+			}
+		}
+		if got := slices.Collect(row.Rows.Windows()); !slices.EqualFunc(got, [][]int{{0}}, slices.Equal[[]int]) {
+			t.Errorf("%v: a single row has %v", c, got)
+		}
+	}
+}
+
+func TestWindowsAreLeftAndAreListsOfTheirOwn(t *testing.T) {
+	w, _ := window.Of([]int{1, 1, 6}, []int{2}, numbers([]int{1}, []int{1}, []int{1}))
+	for many := range w.Columns.Places {
+		var got [][]int
+		for words := range w.Columns.Windows() {
+			got = append(got, words)
+			for n := range words[:cap(words)] {
+				words[:cap(words)][n] = len(got)
+			}
+			if len(got) > many {
+				break
+			}
+		}
+		for n, words := range got {
+			if slices.ContainsFunc(words, func(word int) bool { return word != n+1 }) {
+				t.Errorf("%d of them: %v", many+1, got)
+			}
+		}
+	}
+	if got := slices.Collect(w.Columns.Windows()); !slices.EqualFunc(got, [][]int{{0}, {0, 1}, {1, 2}, {2, 3}, {3, 4}, {4, 5}, {5}}, slices.Equal[[]int]) {
+		t.Errorf("%v", got)
+	}
+}
+
 func TestWindowKeepsNothing(t *testing.T) {
 	s, kernel, c := []int{1, 1, 5}, []int{2}, numbers([]int{3}, []int{0}, []int{1})
 	w, _ := window.Of(s, kernel, c)

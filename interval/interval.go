@@ -1,4 +1,4 @@
-// Package interval: where real numbers lie, as narrowly as is asked for. Expo and curve round these numbers to words.
+// Package interval: where real numbers lie, as narrowly as is asked for. Expo, curve and soft round these numbers to words.
 package interval
 
 import "iter"
@@ -19,9 +19,30 @@ func upToTwo(limbs int) Interval {
 	return i
 }
 
+// upToLeast is from 0 to the least that the limbs tell.
+func upToLeast(limbs int) Interval {
+	i := newInterval(limbs)
+	i.high.addLeast()
+	return i
+}
+
+// one is 1, and nothing beside it.
+func one(limbs int) Interval {
+	i := newInterval(limbs)
+	i.addOne()
+	return i
+}
+
 func (i Interval) put(p, q uint64) {
 	i.low.put(p, q)
 	copy(i.high, i.low)
+	i.high.addLeast()
+}
+
+// putPart leaves o / n in i, for an n above 0.
+func (i Interval) putPart(o Interval, n uint64) {
+	i.low.putPart(o.low, n)
+	i.high.putPart(o.high, n)
 	i.high.addLeast()
 }
 
@@ -33,6 +54,12 @@ func (i Interval) Add(o Interval) {
 func (i Interval) addOne() {
 	i.low.addWhole(1)
 	i.high.addWhole(1)
+}
+
+// takeOne needs an interval that is not below 1.
+func (i Interval) takeOne() {
+	i.low.takeOne()
+	i.high.takeOne()
 }
 
 // takeFromOne needs an interval that is not above 1.
@@ -55,6 +82,13 @@ func (i Interval) Share(n uint64) {
 	i.high.addLeast()
 }
 
+// halve does so as often as times tells, which is to be below 64.
+func (i Interval) halve(times int) {
+	i.low.halve(times)
+	i.high.halve(times)
+	i.high.addLeast()
+}
+
 // Powers tells where e^(a / 2^f) lies, more and more narrowly. The exponent is to be from -64 to 43: so the power is below 2^63.
 func Powers(a int64, f int) iter.Seq[Interval] { return narrower(powerOf(a, f).about) }
 
@@ -63,23 +97,30 @@ func Logarithms(greater, lower int64) iter.Seq[Interval] {
 	return narrower(logarithmOf(greater, lower).about)
 }
 
-// narrower tells where a real number lies, by one limb more each time.
-func narrower(about func(limbs int) Interval) iter.Seq[Interval] {
-	return func(yield func(Interval) bool) {
+// narrower tells where real numbers lie, by one limb more each time.
+func narrower[T any](about func(limbs int) T) iter.Seq[T] {
+	return func(yield func(T) bool) {
 		for limbs := 1; yield(about(limbs)); limbs++ {
 		}
 	}
 }
 
+// Word is the whole number nearest to 2^f times the real number, if the interval tells: for all that are no words it is 2^47, the least of them.
+func (i Interval) Word(f int) (int64, bool) {
+	word := i.low.word(f)
+	if word != i.high.word(f) {
+		return 0, false
+	}
+	return word, true
+}
+
 // Settled is the whole number nearest to 2^f times the real number that the intervals close in on: for all that are no words it is 2^47, the least of them.
 // It ends, as a real number that is no half has an interval that holds none.
 func Settled(narrower iter.Seq[Interval], f int) int64 {
-	word := int64(0)
 	for i := range narrower {
-		word = i.low.word(f)
-		if word == i.high.word(f) {
-			break
+		if word, ok := i.Word(f); ok {
+			return word
 		}
 	}
-	return word
+	return 0
 }

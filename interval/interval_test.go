@@ -65,6 +65,17 @@ func expOf(x *big.Float) *big.Float {
 	return sum
 }
 
+func lnOf(x *big.Float) *big.Float {
+	y, doublings := float(0).Set(x), int64(0)
+	for y.Cmp(float(2)) >= 0 {
+		y.Quo(y, float(2))
+		doublings++
+	}
+	half := artanhOf(float(0).Quo(float(0).Sub(y, float(1)), float(0).Add(y, float(1))))
+	half.Add(half, float(0).Mul(float(doublings), artanhOf(quotient(1, 3))))
+	return half.Mul(half, float(2))
+}
+
 func artanhOf(z *big.Float) *big.Float {
 	sum, power, square := float(0), float(0).Set(z), float(0).Mul(z, z)
 	for j := int64(1); j < 500; j += 2 {
@@ -120,17 +131,61 @@ func TestPowers(t *testing.T) {
 	}
 }
 
+func TestOneIsItsOwnPower(t *testing.T) {
+	for i := range Powers(0, 17) {
+		if valueOf(i.low).Cmp(float(1)) != 0 || valueOf(i.high).Cmp(float(1)) != 0 {
+			t.Errorf("from %s to %s", valueOf(i.low).String(), valueOf(i.high).String())
+		}
+		if len(i.low) > 5 {
+			break
+		}
+	}
+}
+
+// Powers far below 1 are told, too, where so many limbs tell anything of them.
+func TestFarPowers(t *testing.T) {
+	for _, c := range []struct {
+		a int64
+		f int
+	}{{-63 << 8, 8}, {-64 << 8, 8}, {-65 << 8, 8}, {-89 << 17, 17}, {-200<<32 - 7, 32}, {-1 << 20, 8}, {-1 << 48, 8}, {-1<<48 + 2, 8}, {-1<<48 + 2, 32}} {
+		x := float(0)
+		if c.a > -1<<48 && c.a>>c.f > -1000 {
+			x = expOf(quotient(c.a, 1<<c.f))
+		}
+		someOf(t, "Powers", Powers(c.a, c.f), x)
+	}
+}
+
 func TestLogarithms(t *testing.T) {
 	for _, c := range [][2]int64{{1, 1}, {2, 1}, {3, 2}, {1<<47 - 1, 1}, {1<<47 - 1, 1 << 46}, {1 << 46, 1}, {257, 256}, {511, 256}, {100, 7}} {
-		x := quotient(c[0], c[1])
-		doublings := int64(0)
-		for x.Cmp(float(2)) >= 0 {
-			x.Quo(x, float(2))
-			doublings++
+		someOf(t, "Logarithms", Logarithms(c[0], c[1]), lnOf(quotient(c[0], c[1])))
+	}
+}
+
+func TestLogarithm(t *testing.T) {
+	for _, c := range [][2]int64{{1, 1}, {2, 1}, {3, 2}, {4096, 1}, {4095, 1}, {1<<40 + 1, 1 << 40}, {1<<40 - 1, 1 << 39}, {1<<40 + 1, 1 << 39}, {100, 7}} {
+		for limbs := 1; limbs < 6; limbs++ {
+			i := newInterval(limbs)
+			i.put(uint64(c[0]), uint64(c[1]))
+			i.Logarithm()
+			about(t, "Logarithm", i, lnOf(quotient(c[0], c[1])))
 		}
-		half := artanhOf(float(0).Quo(float(0).Sub(x, float(1)), float(0).Add(x, float(1))))
-		half.Add(half, float(0).Mul(float(doublings), artanhOf(quotient(1, 3))))
-		someOf(t, "Logarithms", Logarithms(c[0], c[1]), half.Mul(half, float(2)))
+	}
+}
+
+// The ends may have a power of 2 between them.
+func TestLogarithmOfAWideInterval(t *testing.T) {
+	for _, power := range []uint64{2, 4, 1024} {
+		i := newInterval(2)
+		i.low.put(power*1000-1, 1000)
+		i.high.put(power*1000+1, 1000)
+		i.Logarithm()
+		for _, off := range []int64{-1, 0, 1} {
+			x := lnOf(quotient(int64(power)*1000+off, 1000))
+			if x.Cmp(valueOf(i.low)) < 0 || x.Cmp(valueOf(i.high)) > 0 {
+				t.Errorf("about %d: %s is not from %s to %s", power, x.String(), valueOf(i.low).String(), valueOf(i.high).String())
+			}
+		}
 	}
 }
 

@@ -19,6 +19,14 @@ func (n number) put(p, q uint64) {
 	}
 }
 
+// putPart leaves o / by in n, for a by above 0.
+func (n number) putPart(o number, by uint64) {
+	rest := uint64(0)
+	for at := len(n) - 1; at >= 0; at-- {
+		n[at], rest = bits.Div64(rest, o[at], by)
+	}
+}
+
 func (n number) add(o number) {
 	carry := uint64(0)
 	for at := range n {
@@ -35,6 +43,9 @@ func (n number) addLeast() {
 }
 
 func (n number) addWhole(whole uint64) { n[len(n)-1] += whole }
+
+// takeOne needs a number that is not below 1.
+func (n number) takeOne() { n[len(n)-1]-- }
 
 // takeFromOne needs a number that is not above 1.
 func (n number) takeFromOne() {
@@ -77,6 +88,31 @@ func (n number) share(whole uint64) {
 			n.addLeast()
 		}
 	}
+}
+
+// halve needs a times below 64.
+func (n number) halve(times int) {
+	above := uint64(0)
+	for at := len(n) - 1; at >= 0; at-- {
+		n[at], above = n[at]>>times|above<<(64-times), n[at]
+	}
+}
+
+// nearest is the whole number nearest to 2^f n / whole, a half going down, for an n that is not above whole, or just above it.
+func (n number) nearest(whole number, f int) int64 {
+	rest, quotient := slices.Clone(n), int64(0)
+	for range f + 1 {
+		quotient += quotient
+		if !rest.below(whole) {
+			rest.take(whole)
+			quotient++
+		}
+		rest.add(rest)
+	}
+	if whole.below(rest) {
+		quotient++
+	}
+	return quotient
 }
 
 func (n number) below(o number) bool {

@@ -27,10 +27,17 @@ func powerOf(a int64, f int) power {
 
 // about halves the exponent x, and squares as often. In between e^x is 1 + x/1 (1 + x/2 (1 + x/3 ( .. ))), where the innermost bracket is from 0 to 2; so it is with -x.
 func (p power) about(limbs int) Interval {
+	switch {
+	case p.size == 0:
+		return one(limbs)
+	case p.below && p.size>>p.f >= uint64(64*limbs): // e is above 2
+		return upToLeast(limbs)
+	}
 	times := bits.Len64(p.size>>p.f) + halvings
-	sum, step := upToTwo(limbs), newInterval(limbs)
+	sum, x, step := upToTwo(limbs), newInterval(limbs), newInterval(limbs)
+	x.put(p.size, 1<<(p.f+times))
 	for j := powerTerms * limbs; j > 0; j-- {
-		step.put(p.size, uint64(j)<<(p.f+times))
+		step.putPart(x, uint64(j))
 		sum.Multiply(step)
 		if p.below {
 			sum.takeFromOne()
@@ -59,16 +66,32 @@ func logarithmOf(greater, lower int64) logarithm {
 
 // about reckons by ln(p / q), which is twice artanh of (p - q) / (p + q), and so by a third for ln 2.
 func (l logarithm) about(limbs int) Interval {
-	sum, doubling, times := newInterval(limbs), newInterval(limbs), newInterval(limbs)
+	sum := newInterval(limbs)
 	sum.put(l.above-l.below, l.above+l.below)
-	sum.Artanh()
+	sum.unfold(l.doublings)
+	return sum
+}
+
+// unfold makes ln(2^doublings y) of (y - 1) / (y + 1), for a y from 1 to 2, or just above it.
+func (i Interval) unfold(doublings uint64) {
+	limbs := len(i.low) - 1
+	doubling, times := newInterval(limbs), newInterval(limbs)
+	i.Artanh()
 	doubling.put(1, 3)
 	doubling.Artanh()
-	times.put(l.doublings, 1)
+	times.put(doublings, 1)
 	doubling.Multiply(times)
-	sum.Add(doubling)
-	sum.Add(sum)
-	return sum
+	i.Add(doubling)
+	i.Add(i)
+}
+
+// Logarithm makes ln i of i, for an i that is not below 1. As ln 1 is 0, what is not below 1 by its lower end has no logarithm's lower end below 0.
+func (i Interval) Logarithm() {
+	doublings := bits.Len64(i.low[len(i.low)-1]) - 1
+	i.halve(doublings)
+	i.takeOne()
+	i.Share(2)
+	i.unfold(uint64(doublings))
 }
 
 // Artanh makes artanh z of z, for a z that is a third at most, or just above it: z (1 + z^2 (1/3 + z^2 (1/5 + .. ))), where the innermost bracket is from 0 to 2.

@@ -1,4 +1,4 @@
-// Package interval: where real numbers lie, as narrowly as is asked for. Expo, curve and soft round these numbers to words.
+// Package interval: where real numbers lie, as narrowly as is asked for. Expo, curve, soft and loss round these numbers to words.
 package interval
 
 import "iter"
@@ -113,6 +113,9 @@ func (i Interval) Word(f int) (int64, bool) {
 	}
 	return word, true
 }
+
+// Down is the whole numbers that 2^f times both ends are rounded down to, which are to be below 2^63.
+func (i Interval) Down(f int) (low, high int64) { return i.low.down(f), i.high.down(f) }
 
 // Settled is the whole number nearest to 2^f times the real number that the intervals close in on: for all that are no words it is 2^47, the least of them.
 // It ends, as a real number that is no half has an interval that holds none.

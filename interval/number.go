@@ -132,6 +132,12 @@ func (n number) take(o number) {
 	}
 }
 
+// down is the whole number that 2^f n is rounded down to, which is to be below 2^63.
+func (n number) down(f int) int64 {
+	last := len(n) - 1
+	return int64(n[last]<<f + n[last-1]>>(64-f))
+}
+
 // word is the whole number nearest to 2^f n, a half going up: to even it would hang on every limb, so that two ends just above a half might never agree.
 // For all that are no words it is 2^47, the least of them.
 func (n number) word(f int) int64 {
@@ -140,5 +146,5 @@ func (n number) word(f int) int64 {
 		return 1 << api.Bits
 	}
 	half := n[last-1] >> (63 - f) & 1
-	return int64(n[last]<<f + n[last-1]>>(64-f) + half)
+	return n.down(f) + int64(half)
 }

@@ -46,6 +46,28 @@ func TestHalve(t *testing.T) {
 	}
 }
 
+func TestDown(t *testing.T) {
+	for _, n := range numbers() {
+		for _, f := range []int{0, 1, 8, 33, 62} {
+			want := new(big.Int).Rsh(wholeOf(n), uint(64*(len(n)-1)-f))
+			if !want.IsInt64() {
+				continue
+			}
+			if got := n.down(f); got != want.Int64() {
+				t.Errorf("%v, %d: %d, want %v", n, f, got, want)
+			}
+		}
+	}
+}
+
+func TestDownOfBothEnds(t *testing.T) {
+	const least = 1 << 55 // of what is told by 9 bits
+	i := Interval{low: number{7*least - 1, 2}, high: number{7 * least, 2}}
+	if low, high := i.Down(9); low != 2<<9+6 || high != 2<<9+7 {
+		t.Errorf("%d, %d", low, high)
+	}
+}
+
 // A half goes down, and what is above one by the least goes up.
 func TestNearest(t *testing.T) {
 	for _, c := range []struct {

@@ -13,16 +13,28 @@ type Sum struct {
 
 // Sums tells where the powers e^(a / 2^f) of some words lie, each over the greatest of them, more and more narrowly.
 func Sums(words []int64, f int) iter.Seq[Sum] {
-	greatest := slices.Max(words)
-	return narrower(func(limbs int) Sum {
-		s := Sum{all: newInterval(limbs)}
-		for _, a := range words {
-			power := powerOf(a-greatest, f).about(limbs)
-			s.powers = append(s.powers, power)
-			s.all.Add(power)
+	return narrower(func(limbs int) Sum { return sumOf(words, f, limbs) })
+}
+
+// LogSums tells where the logarithms of such sums lie together, one for each row of words, more and more narrowly.
+func LogSums(rows iter.Seq[[]int64], f int) iter.Seq[Interval] {
+	return narrower(func(limbs int) Interval {
+		all := newInterval(limbs)
+		for words := range rows {
+			all.Add(sumOf(words, f, limbs).Logarithm())
 		}
-		return s
+		return all
 	})
+}
+
+func sumOf(words []int64, f, limbs int) Sum {
+	s, greatest := Sum{all: newInterval(limbs)}, slices.Max(words)
+	for _, a := range words {
+		power := powerOf(a-greatest, f).about(limbs)
+		s.powers = append(s.powers, power)
+		s.all.Add(power)
+	}
+	return s
 }
 
 // Shares are the whole numbers nearest to 2^f times what each power is of the sum, if the intervals tell all of them.

@@ -64,6 +64,44 @@ func TestSharesOfAHalf(t *testing.T) {
 	}
 }
 
+func TestLogSums(t *testing.T) {
+	for _, rows := range [][][]int64{{{0}}, {{0, 0}}, {{5}, {-7}}, {{0, 0}, {100, -100}}, {{1<<47 - 1, -1<<47 + 1}, {3, 2}, {-4, -4000}}, slices.Repeat([][]int64{{9, -50, 12}}, 300)} {
+		product := float(1)
+		for _, words := range rows {
+			sum, greatest := float(0), slices.Max(words)
+			for _, a := range words {
+				if a-greatest > -1000<<8 {
+					sum.Add(sum, expOf(quotient(a-greatest, 1<<8)))
+				}
+			}
+			product.Mul(product, sum)
+		}
+		limbs, want := 0, lnOf(product)
+		for i := range LogSums(slices.Values(rows), 8) {
+			limbs++
+			about(t, "logarithms together", i, want)
+			if len(i.low) != limbs+1 || limbs == 5 {
+				break
+			}
+		}
+		if limbs != 5 {
+			t.Errorf("%v: %d limbs were told", rows, limbs)
+		}
+	}
+}
+
+// Rows that have one word each have nothing together, and others, however far they are below the greatest ones, are not told as less.
+func TestLogSumsThatAreHardlyAnything(t *testing.T) {
+	for _, rows := range [][][]int64{{{4}}, {{4}, {-4}}, {{1 << 46, -1 << 46}}, slices.Repeat([][]int64{{0, -1 << 40}}, 4096)} {
+		for i := range LogSums(slices.Values(rows), 8) {
+			if low, high := i.Down(33); valueOf(i.low).Sign() != 0 || low != 0 || high != 0 {
+				t.Errorf("%d rows: from %s to %s", len(rows), valueOf(i.low).String(), valueOf(i.high).String())
+			}
+			break
+		}
+	}
+}
+
 func TestLogarithmOfOneIsNought(t *testing.T) {
 	for s := range Sums([]int64{-5}, 8) {
 		i := s.Logarithm()

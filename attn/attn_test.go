@@ -15,10 +15,6 @@ const most = sample.Most
 
 var of, row, filled = sample.Of, sample.Row, sample.Filled
 
-func noCounts() []int {
-	return []int{7, 33, 0, -1, -8, 64, 1 << 32, 1<<32 + 8, math.MinInt, math.MaxInt}
-}
-
 func ones(n int) []int { return slices.Repeat([]int{1}, n) }
 
 // masks lets about one of many places through, and one of each row in any case, by numbers of all kinds.
@@ -339,7 +335,7 @@ func TestHeadsOfNoWords(t *testing.T) {
 }
 
 func TestHeadsOfNoCounts(t *testing.T) {
-	for _, f := range noCounts() {
+	for _, f := range sample.NoCounts() {
 		for _, a := range []trio{filledTrio(size{2, 2, 2, 2}, 1, 1, 1), filledTrio(size{1, 2, 1, 1}, most, most, most), {of(nil, 1), row(1), row(1, 2), nil}, {of([]int{1, 1}, 1), of([]int{1, 1}, 1), of([]int{1, 1}, 1), []int{0}}, filledTrio(size{4096, 17, 1, 1}, 1, 1, 1)} {
 			a.refused(t, f, api.ErrForm)
 		}
@@ -537,7 +533,7 @@ func TestAttentionOfNoWords(t *testing.T) {
 }
 
 func TestAttentionOfNoCounts(t *testing.T) {
-	for _, f := range noCounts() {
+	for _, f := range sample.NoCounts() {
 		for _, heads := range []int{1, 2, 0, 3} {
 			filledAttention(2, 2, heads, 1, [4]int64{1, 1, 1, 1}).refused(t, f, api.ErrForm)
 			filledAttention(257, 2, heads, most, [4]int64{most, most, 1, 1}).refused(t, f, api.ErrForm)
@@ -674,12 +670,6 @@ func TestWholeRowsInAnotherOrder(t *testing.T) {
 
 // R1, R2
 
-func roomyMask(mask []int) []int { return append(slices.Clone(mask), 91, 92)[:len(mask)] }
-
-func asHandedIn(got, mask []int) bool {
-	return slices.Equal(got[:len(mask)+2], append(slices.Clone(mask), 91, 92))
-}
-
 // stay is whether a call leaves the tensors and the mask as they are, tells the same twice, and each time what is its own.
 func stay(t *testing.T, list []api.Tensor, mask []int, f int, want api.Tensor, wantE api.Errno, call func([]api.Tensor, []int, int) (api.Tensor, api.Errno)) {
 	t.Helper()
@@ -688,15 +678,15 @@ func stay(t *testing.T, list []api.Tensor, mask []int, f int, want api.Tensor, w
 		for _, a := range list {
 			roomy = append(roomy, sample.Roomy(a.Shape, a.Data))
 		}
-		lets := roomyMask(mask)
+		lets := sample.RoomyInts(mask)
 		got, e := call(roomy, lets, f)
 		for n, a := range list {
-			if !sample.AsHandedIn(roomy[n], a.Shape, a.Data) || !asHandedIn(lets, mask) {
+			if !sample.AsHandedIn(roomy[n], a.Shape, a.Data) || !sample.IntsAsHandedIn(lets, mask) {
 				t.Errorf("handed in, now: %v, %v", roomy[n], lets)
 			}
 			sample.Spoil(roomy[n])
 		}
-		clear(lets[:cap(lets)])
+		sample.SpoilInts(lets)
 		if e != wantE || !sample.Same(got, want) {
 			t.Errorf("%v, %v; want %v, %v", got, e, want, wantE)
 		}

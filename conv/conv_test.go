@@ -21,8 +21,6 @@ var (
 	line, plane, planeOf        = sample.Line, sample.Plane, sample.PlaneOf
 )
 
-func noCounts() []int { return []int{7, 33, 0, -1, 64, math.MinInt, math.MaxInt} }
-
 func convIs(t *testing.T, x, w api.Tensor, c api.Conv, f int, want api.Tensor, wantE api.Errno) {
 	t.Helper()
 	got, e := conv.Conv(x, w, c, f)
@@ -398,7 +396,7 @@ func TestNumbersThatAreNone(t *testing.T) {
 func TestErrorsOfConvInTheirOrder(t *testing.T) {
 	for _, g := range slices.Concat(goings(), noGoings(), longGoings()) {
 		x, w := filled(g.X, most), filled(g.W, most)
-		for _, f := range noCounts() {
+		for _, f := range sample.NoCounts() {
 			convIs(t, x, w, g.C, f, api.Tensor{}, api.ErrForm)
 		}
 		for _, v := range sample.NoWords() {
@@ -675,8 +673,8 @@ func TestNothingHandedInIsChangedOrKept(t *testing.T) {
 		cols := columns(of(g.X, xs...), g.W[2:], g.C)
 		for range 2 { // the second time, after the answers of the first were spoiled
 			x, w, a := sample.Roomy(g.X, xs), sample.Roomy(g.W, ws), sample.Roomy(cols.Shape, cols.Data)
-			k, s := append(slices.Clone(g.W[2:]), 91)[:len(g.W)-2], append(slices.Clone(g.X), 91)[:len(g.X)]
-			c := planeOf(append(slices.Clone(g.C.Stride), 91)[:len(k)], append(slices.Clone(g.C.Pad), 91)[:len(k)], append(slices.Clone(g.C.Dilation), 91)[:len(k)])
+			k, s := sample.RoomyInts(g.W[2:]), sample.RoomyInts(g.X)
+			c := planeOf(sample.RoomyInts(g.C.Stride), sample.RoomyInts(g.C.Pad), sample.RoomyInts(g.C.Dilation))
 			told, _ := conv.Conv(x, w, c, 20)
 			laid, _ := conv.Cols(x, k, c)
 			back, _ := conv.Back(a, s, k, c)
@@ -690,7 +688,7 @@ func TestNothingHandedInIsChangedOrKept(t *testing.T) {
 			}
 			asIs := sample.AsHandedIn(x, g.X, xs) && sample.AsHandedIn(w, g.W, ws) && sample.AsHandedIn(a, cols.Shape, cols.Data)
 			for _, list := range [][2][]int{{k, g.W[2:]}, {s, g.X}, {c.Stride, g.C.Stride}, {c.Pad, g.C.Pad}, {c.Dilation, g.C.Dilation}} {
-				asIs = asIs && slices.Equal(list[0][:len(list[0])+1], append(slices.Clone(list[1]), 91))
+				asIs = asIs && sample.IntsAsHandedIn(list[0], list[1])
 			}
 			if !asIs {
 				t.Errorf("%v: handed in, now: %v, %v, %v, %v, %v, %v", g, x, w, a, k, s, c)

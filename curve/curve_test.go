@@ -9,6 +9,7 @@ import (
 	"ratchet/api"
 	"ratchet/curve"
 	"ratchet/mixer"
+	"ratchet/sample"
 )
 
 const (
@@ -19,8 +20,6 @@ const (
 func noWords() []int64 {
 	return []int64{-1 << 47, -1<<47 - 1, 1 << 47, 1<<47 + 1, 1 << 48, math.MaxInt64, math.MinInt64 + 1, math.MinInt64}
 }
-
-func noCounts() []int { return []int{7, 33, 0, -1, -8, 63, 64, 1 << 20, math.MinInt, math.MaxInt} }
 
 func float(x float64) *big.Float { return new(big.Float).SetPrec(prec).SetFloat64(x) }
 
@@ -251,14 +250,14 @@ func TestLeakyThatIsNoWord(t *testing.T) {
 
 func TestLeakyOfWhatIsNone(t *testing.T) {
 	for _, no := range noWords() {
-		for _, f := range append(noCounts(), 8, 17, 32) {
+		for _, f := range append(sample.NoCounts(), 8, 17, 32) {
 			for _, word := range append(noWords(), 0, 1, -1, 256, most, -most) {
 				leakyIs(t, no, word, f, 0, api.ErrForm)
 				leakyIs(t, word, no, f, 0, api.ErrForm) // a slope that is none is refused even where it is not asked
 			}
 		}
 	}
-	for _, f := range noCounts() {
+	for _, f := range sample.NoCounts() {
 		for _, a := range []int64{0, 1, -1, 256, -256, most, -most} { // products that are no words come behind
 			for _, s := range []int64{0, 26, most, -most} {
 				leakyIs(t, a, s, f, 0, api.ErrForm)
@@ -385,7 +384,7 @@ func TestNoWordsAreRefused(t *testing.T) {
 }
 
 func TestNoCountsAreRefused(t *testing.T) {
-	for _, f := range noCounts() {
+	for _, f := range sample.NoCounts() {
 		for _, a := range append(noWords(), 0, 1, -1, 256, -256, most, -most) {
 			told(t, a, f, 0, 0, 0, api.ErrForm)
 		}

@@ -22,8 +22,6 @@ var of, row = sample.Of, sample.Row
 
 func counts() []int { return []int{8, 9, 16, 24, 31, 32} }
 
-func noCounts() []int { return []int{7, 33, 0, -1, 64, math.MinInt, math.MaxInt} }
-
 func opsOfTwo() []int { return []int{api.OpAdd, api.OpSub, api.OpMul, api.OpDiv} }
 
 func opsOfOne() []int {
@@ -266,7 +264,7 @@ func TestTwoByNoOperation(t *testing.T) {
 }
 
 func TestFThatIsNone(t *testing.T) {
-	for _, f := range noCounts() {
+	for _, f := range sample.NoCounts() {
 		for _, op := range allOps() { // sums, too, though they ask for none
 			twoIs(t, op, row(256, 1), row(256, 0), f, api.Tensor{}, api.ErrForm)
 			twoIs(t, op, row(most), row(most), f, api.Tensor{}, api.ErrForm)

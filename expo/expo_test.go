@@ -10,6 +10,7 @@ import (
 	"ratchet/expo"
 	"ratchet/fx"
 	"ratchet/mixer"
+	"ratchet/sample"
 )
 
 const (
@@ -20,8 +21,6 @@ const (
 func noWords() []int64 {
 	return []int64{-1 << 47, -1<<47 - 1, 1 << 47, 1<<47 + 1, 1 << 48, math.MaxInt64, math.MinInt64}
 }
-
-func noCounts() []int { return []int{7, 33, 0, -1, -8, 63, 64, 1 << 20, math.MinInt, math.MaxInt} }
 
 func float(x float64) *big.Float { return new(big.Float).SetPrec(prec).SetFloat64(x) }
 
@@ -269,7 +268,7 @@ func TestNoWordsAreRefused(t *testing.T) {
 }
 
 func TestNoCountsAreRefusedFirst(t *testing.T) {
-	for _, f := range noCounts() {
+	for _, f := range sample.NoCounts() {
 		for _, a := range append(noWords(), 0, 1, -1, 256, 7000, most, -most) { // powers that are too great, and ln 0, come behind
 			got, e := expo.Exp(a, f)
 			same(t, "Exp", a, f, got, e, 0, api.ErrForm)

@@ -10,6 +10,7 @@ import (
 	"ratchet/api"
 	"ratchet/fx"
 	"ratchet/mixer"
+	"ratchet/sample"
 	"ratchet/wide"
 )
 
@@ -32,8 +33,6 @@ func noWords() []int64 {
 }
 
 func counts() []int { return []int{8, 9, 16, 23, 31, 32} }
-
-func noCounts() []int { return []int{7, 33, 0, -1, 63, 64, 1 << 20, math.MinInt, math.MaxInt} }
 
 func power(n int) *big.Int { return new(big.Int).Lsh(big.NewInt(1), uint(n)) }
 
@@ -106,7 +105,7 @@ func TestCheckF(t *testing.T) {
 			t.Errorf("%d: %v", f, e)
 		}
 	}
-	for _, f := range noCounts() {
+	for _, f := range sample.NoCounts() {
 		if e := fx.CheckF(f); e != api.ErrForm {
 			t.Errorf("%d: %v", f, e)
 		}
@@ -142,7 +141,7 @@ func TestNoWordsAreRefusedFirst(t *testing.T) {
 }
 
 func TestNoCountsAreRefusedFirst(t *testing.T) {
-	for _, f := range noCounts() {
+	for _, f := range sample.NoCounts() {
 		for _, b := range []int64{0, 1, most} {
 			got, e := fx.Mul(most, b, f)
 			same(t, name("Mul", b, int64(f)), got, e, 0, api.ErrForm)

@@ -272,7 +272,7 @@ func TestPairsTellOfNoTensorsFirst(t *testing.T) {
 }
 
 func TestPairsTellOfNoCountsFirst(t *testing.T) {
-	for _, f := range noCounts() {
+	for _, f := range sample.NoCounts() {
 		bothTell(t, row(1, 2), row(3, 4), f, api.ErrForm)
 		bothTell(t, row(1, 2), row(3), f, api.ErrForm)
 		bothTell(t, row(most), row(-most), f, api.ErrForm)

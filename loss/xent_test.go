@@ -258,12 +258,8 @@ func TestXentTellsOfNoTensorsFirst(t *testing.T) {
 	}
 }
 
-func noCounts() []int {
-	return []int{7, 33, 0, -1, -8, 64, 1 << 32, 1<<32 + 8, math.MinInt, math.MaxInt}
-}
-
 func TestXentTellsOfNoCountsFirst(t *testing.T) {
-	for _, f := range noCounts() {
+	for _, f := range sample.NoCounts() {
 		xentTells(t, of([]int{1, 2}, 1, 2), []int{0}, f, api.ErrForm)
 		xentTells(t, of([]int{1, 2}, 1, 2), []int{2}, f, api.ErrForm)
 		xentTells(t, of([]int{1, 2}, most, -most), []int{1}, f, api.ErrForm)
@@ -390,9 +386,9 @@ func TestXentNeitherChangesNorKeeps(t *testing.T) {
 		labels := labelsOf(&m, of(s, words...))
 		want, _ := loss.Xent(of(s, words...), labels, 8)
 		for range 2 { // the second time, after the answer of the first was spoiled
-			x, roomy := sample.Roomy(s, words), append(slices.Clone(labels), 91)[:len(labels)]
+			x, roomy := sample.Roomy(s, words), sample.RoomyInts(labels)
 			got, _ := loss.Xent(x, roomy, 8)
-			if !sample.AsHandedIn(x, s, words) || !slices.Equal(roomy[:len(labels)+1], append(slices.Clone(labels), 91)) {
+			if !sample.AsHandedIn(x, s, words) || !sample.IntsAsHandedIn(roomy, labels) {
 				t.Errorf("%v: handed in, now: %v, %v", s, x, roomy)
 			}
 			sample.Spoil(x)
@@ -413,9 +409,9 @@ func TestXentChangesNothingBesideAnError(t *testing.T) {
 		f      int
 		want   api.Errno
 	}{{[]int{1, 1}, 8, api.ErrOver}, {[]int{1, 2}, 8, api.ErrShape}, {[]int{1}, 8, api.ErrShape}, {[]int{1, 1}, 7, api.ErrForm}} {
-		roomy := append(slices.Clone(c.labels), 91)[:len(c.labels)]
+		roomy := sample.RoomyInts(c.labels)
 		xentTells(t, x, roomy, c.f, c.want)
-		if !sample.AsHandedIn(x, s, words) || !slices.Equal(roomy[:len(c.labels)+1], append(slices.Clone(c.labels), 91)) {
+		if !sample.AsHandedIn(x, s, words) || !sample.IntsAsHandedIn(roomy, c.labels) {
 			t.Errorf("%v, %v", x, roomy)
 		}
 	}

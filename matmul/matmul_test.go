@@ -1,7 +1,6 @@
 package matmul_test
 
 import (
-	"math"
 	"math/big"
 	"slices"
 	"testing"
@@ -18,8 +17,6 @@ var (
 	of, row, filled, signed = sample.Of, sample.Row, sample.Filled, sample.Signed
 	indexes, at             = sample.Indexes, sample.At
 )
-
-func noCounts() []int { return []int{7, 33, 0, -1, 64, math.MinInt, math.MaxInt} }
 
 func mulIs(t *testing.T, a, b api.Tensor, f int, want api.Tensor, wantE api.Errno) {
 	t.Helper()
@@ -301,7 +298,7 @@ func TestErrorsOfMulInTheirOrder(t *testing.T) {
 	mulIs(t, filled(wrong.a, most), filled(wrong.b, most), 8, api.Tensor{}, api.ErrShape)
 	for _, p := range append(pairs(), long, wrong, pair{nil, nil}, pair{[]int{1}, []int{1}}) {
 		a, b := filled(p.a, most), filled(p.b, most)
-		for _, f := range noCounts() {
+		for _, f := range sample.NoCounts() {
 			mulIs(t, a, b, f, api.Tensor{}, api.ErrForm)
 		}
 		for _, v := range sample.NoWords() {

@@ -1,7 +1,6 @@
 package norm_test
 
 import (
-	"math"
 	"math/big"
 	"slices"
 	"testing"
@@ -251,10 +250,6 @@ func aboutHalf(t *testing.T, words []int64, eps int64, f int, k int64) {
 
 // Errors
 
-func noCounts() []int {
-	return []int{7, 33, 0, -1, -8, 64, 1 << 32, 1<<32 + 8, math.MinInt, math.MaxInt}
-}
-
 func noEpsilons() []int64 {
 	return append(sample.NoWords(), 0, -1, -256, -1<<32, -most)
 }
@@ -269,7 +264,7 @@ func TestNoTensorsAreRefused(t *testing.T) {
 }
 
 func TestNoCountsAreRefused(t *testing.T) {
-	for _, f := range noCounts() {
+	for _, f := range sample.NoCounts() {
 		for _, x := range []api.Tensor{row(1, 2), of([]int{2, 1}, most, most), of(nil, 3), of([]int{}, 0)} {
 			refused(t, x, 1, f, api.ErrForm)
 			refused(t, x, most, f, api.ErrForm)

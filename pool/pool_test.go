@@ -617,17 +617,12 @@ func TestWindowsWithoutPadAreColumns(t *testing.T) {
 
 // R1, R2
 
-// roomy is a list with room to spare, with a number in it that nobody may change.
-func roomy(list []int) []int { return append(slices.Clone(list), 91)[:len(list)] }
-
-func asHandedIn(list, was []int) bool {
-	return slices.Equal(list[:len(was)+1], append(slices.Clone(was), 91))
+func roomyNumbers(c api.Conv) api.Conv {
+	return planeOf(sample.RoomyInts(c.Kernel), sample.RoomyInts(c.Stride), sample.RoomyInts(c.Pad), sample.RoomyInts(c.Dilation))
 }
 
-func spoil(list []int) {
-	for n := range list[:cap(list)] {
-		list[:cap(list)][n] = -9
-	}
+func asHandedIn(c, was api.Conv) bool {
+	return sample.IntsAsHandedIn(c.Kernel, was.Kernel) && sample.IntsAsHandedIn(c.Stride, was.Stride) && sample.IntsAsHandedIn(c.Pad, was.Pad) && sample.IntsAsHandedIn(c.Dilation, was.Dilation)
 }
 
 func TestNothingHandedInIsChangedOrKept(t *testing.T) {
@@ -637,7 +632,7 @@ func TestNothingHandedInIsChangedOrKept(t *testing.T) {
 		want, _ := pooled(of(p.s, words...), p.c)
 		for range 2 { // the second time, after the answers of the first were spoiled
 			x := sample.Roomy(p.s, words)
-			c := planeOf(roomy(p.c.Kernel), roomy(p.c.Stride), roomy(p.c.Pad), roomy(p.c.Dilation))
+			c := roomyNumbers(p.c)
 			greatest, picks, _ := pool.Max(x, c)
 			mean, _ := pool.Avg(x, c)
 			if !sample.Same(greatest, want.greatest) || !slices.Equal(picks, want.picks) || !sample.Same(mean, want.mean) {
@@ -647,9 +642,9 @@ func TestNothingHandedInIsChangedOrKept(t *testing.T) {
 			if !slices.Equal(picks, want.picks) || !sample.Same(mean, want.mean) {
 				t.Errorf("%v: answers share: %v, %v", p, picks, mean)
 			}
-			spoil(picks)
+			sample.SpoilInts(picks)
 			sample.Spoil(mean)
-			if !sample.AsHandedIn(x, p.s, words) || !asHandedIn(c.Kernel, p.c.Kernel) || !asHandedIn(c.Stride, p.c.Stride) || !asHandedIn(c.Pad, p.c.Pad) || !asHandedIn(c.Dilation, p.c.Dilation) {
+			if !sample.AsHandedIn(x, p.s, words) || !asHandedIn(c, p.c) {
 				t.Errorf("%v: handed in, now: %v, %v", p, x, c)
 			}
 		}
@@ -659,13 +654,13 @@ func TestNothingHandedInIsChangedOrKept(t *testing.T) {
 func TestSpoiledArgumentsLeaveAnswersAsTheyWere(t *testing.T) {
 	for _, p := range poolings() {
 		x := rising(slices.Clone(p.s))
-		c := planeOf(roomy(p.c.Kernel), roomy(p.c.Stride), roomy(p.c.Pad), roomy(p.c.Dilation))
+		c := roomyNumbers(p.c)
 		want, _ := pooled(rising(p.s), p.c)
 		greatest, picks, _ := pool.Max(x, c)
 		mean, _ := pool.Avg(x, c)
 		sample.Spoil(x)
 		for _, list := range [][]int{c.Kernel, c.Stride, c.Pad, c.Dilation} {
-			spoil(list)
+			sample.SpoilInts(list)
 		}
 		if !sample.Same(greatest, want.greatest) || !slices.Equal(picks, want.picks) || !sample.Same(mean, want.mean) {
 			t.Errorf("%v: %v, %v, %v", p, greatest, picks, mean)
@@ -682,9 +677,9 @@ func TestNothingHandedInIsChangedBesideAnError(t *testing.T) {
 	}{
 		{line(4, 1, 0, 1), api.ErrShape}, {line(1, 1, 1, 1), api.ErrShape}, {plane(1, 1, 0, 1), api.ErrShape}, {line(4096, 1, 4095, 1), api.ErrBudget}, {line(1, 0, 0, 1), api.ErrForm}, {with(sample.Line(1, 0, 1)), api.ErrForm},
 	} {
-		d := planeOf(roomy(c.c.Kernel), roomy(c.c.Stride), roomy(c.c.Pad), roomy(c.c.Dilation))
+		d := roomyNumbers(c.c)
 		bothTell(t, x, d, c.want)
-		if !sample.AsHandedIn(x, s, data) || !asHandedIn(d.Kernel, c.c.Kernel) || !asHandedIn(d.Stride, c.c.Stride) || !asHandedIn(d.Pad, c.c.Pad) || !asHandedIn(d.Dilation, c.c.Dilation) {
+		if !sample.AsHandedIn(x, s, data) || !asHandedIn(d, c.c) {
 			t.Errorf("%v: %v, %v", c, x, d)
 		}
 	}

@@ -10,6 +10,7 @@ import (
 	"ratchet/api"
 	"ratchet/mixer"
 	"ratchet/root"
+	"ratchet/sample"
 )
 
 const most = 1<<47 - 1
@@ -38,8 +39,6 @@ func words() []int64 {
 func noWords() []int64 {
 	return []int64{-1, -2, -256, -most, -1 << 47, -1<<47 - 1, 1 << 47, 1<<47 + 1, 1 << 48, math.MaxInt64, math.MinInt64}
 }
-
-func noCounts() []int { return []int{7, 33, 0, -1, -8, 63, 64, 1 << 20, math.MinInt, math.MaxInt} }
 
 func power(n int) *big.Int { return new(big.Int).Lsh(big.NewInt(1), uint(n)) }
 
@@ -194,7 +193,7 @@ func TestNoWordsAreRefused(t *testing.T) {
 }
 
 func TestNoCountsAreRefusedFirst(t *testing.T) {
-	for _, f := range noCounts() {
+	for _, f := range sample.NoCounts() {
 		for _, a := range append(noWords(), 0, 1, 256, most) { // a division by 0, and answers that are no words, come behind
 			got, e := root.Sqrt(a, f)
 			same(t, "Sqrt", a, f, got, e, 0, api.ErrForm)

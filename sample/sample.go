@@ -1,4 +1,4 @@
-// Package sample: tensors for the tests of the layers that take them, which nothing else calls: the same ones in every run.
+// Package sample: tensors, and what goes beside them, for the tests of the layers that take them, which nothing else calls: the same ones in every run.
 package sample
 
 import (
@@ -23,6 +23,11 @@ func Edges() []int64 {
 
 func NoWords() []int64 {
 	return []int64{1 << 47, -1 << 47, 1<<47 + 1, -1<<47 - 1, math.MaxInt64, math.MinInt64}
+}
+
+// NoCounts are of no fraction bits that words may have.
+func NoCounts() []int {
+	return []int{7, 33, 0, -1, -8, 63, 64, 1 << 20, 1 << 32, 1<<32 + 8, math.MinInt, math.MaxInt}
 }
 
 func Shapes() [][]int {
@@ -139,20 +144,31 @@ func IsZero(t api.Tensor) bool { return t.Shape == nil && t.Data == nil }
 
 // Roomy is a tensor whose lists have room to spare, with numbers in it that nobody may change.
 func Roomy(s []int, data []int64) api.Tensor {
-	return api.Tensor{Shape: append(slices.Clone(s), 91, 92)[:len(s)], Data: append(slices.Clone(data), 93, 94)[:len(data)]}
+	return api.Tensor{Shape: RoomyInts(s), Data: append(slices.Clone(data), 93, 94)[:len(data)]}
 }
 
 // AsHandedIn is whether t is as Roomy told it of s and data, the spare room too.
 func AsHandedIn(t api.Tensor, s []int, data []int64) bool {
-	return slices.Equal(t.Shape[:len(s)+2], append(slices.Clone(s), 91, 92)) && slices.Equal(t.Data[:len(data)+2], append(slices.Clone(data), 93, 94))
+	return IntsAsHandedIn(t.Shape, s) && slices.Equal(t.Data[:len(data)+2], append(slices.Clone(data), 93, 94))
 }
 
 // Spoil writes all over t, its spare room too.
 func Spoil(t api.Tensor) {
-	for k := range t.Shape[:cap(t.Shape)] {
-		t.Shape[:cap(t.Shape)][k] = -7
-	}
+	SpoilInts(t.Shape)
 	for k := range t.Data[:cap(t.Data)] {
 		t.Data[:cap(t.Data)][k] = -8
+	}
+}
+
+// RoomyInts is a list with room to spare, as Roomy's.
+func RoomyInts(list []int) []int { return append(slices.Clone(list), 91, 92)[:len(list)] }
+
+func IntsAsHandedIn(list, was []int) bool {
+	return slices.Equal(list[:len(was)+2], append(slices.Clone(was), 91, 92))
+}
+
+func SpoilInts(list []int) {
+	for k := range list[:cap(list)] {
+		list[:cap(list)][k] = -7
 	}
 }

@@ -62,6 +62,37 @@ func TestAsHandedIn(t *testing.T) {
 	}
 }
 
+func TestIntsAsHandedIn(t *testing.T) {
+	for _, list := range [][]int{nil, {}, {1}, {1, 2, 3}} {
+		was := slices.Clone(list)
+		if !sample.IntsAsHandedIn(sample.RoomyInts(list), list) {
+			t.Errorf("%v: as it was told", list)
+		}
+		for _, change := range []func([]int){
+			func(a []int) { _ = append(a, 0) },
+			func(a []int) { _ = append(a, 91, 0) },
+			sample.SpoilInts,
+		} {
+			a := sample.RoomyInts(list)
+			change(a)
+			if sample.IntsAsHandedIn(a, list) {
+				t.Errorf("%v, changed: %v", list, a)
+			}
+		}
+		if !slices.Equal(list, was) {
+			t.Errorf("SpoilInts reaches what RoomyInts was handed: %v", list)
+		}
+	}
+}
+
+func TestNoCounts(t *testing.T) {
+	for _, f := range sample.NoCounts() {
+		if api.MinF <= f && f <= api.MaxF {
+			t.Errorf("%d is one", f)
+		}
+	}
+}
+
 func TestFilledRisingAndSigned(t *testing.T) {
 	m := mixer.Mixer(3)
 	s := []int{2, 3}

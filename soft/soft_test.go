@@ -526,11 +526,11 @@ func TestNothingHandedInIsChangedOrKept(t *testing.T) {
 		masked, _ := soft.Masked(of(s, words...), mask, 8)
 		sums, _ := soft.LogSum(of(s, words...), 8)
 		for range 2 { // the second time, after the answers of the first were spoiled
-			x, lets := sample.Roomy(s, words), append(slices.Clone(mask), 91)[:len(mask)]
+			x, lets := sample.Roomy(s, words), sample.RoomyInts(mask)
 			a, _ := soft.Softmax(x, 8)
 			b, _ := soft.Masked(x, lets, 8)
 			c, _ := soft.LogSum(x, 8)
-			if !sample.AsHandedIn(x, s, words) || !slices.Equal(lets[:len(mask)+1], append(slices.Clone(mask), 91)) {
+			if !sample.AsHandedIn(x, s, words) || !sample.IntsAsHandedIn(lets, mask) {
 				t.Errorf("%v: handed in, now: %v, %v", s, x, lets)
 			}
 			sample.Spoil(x)
@@ -549,9 +549,9 @@ func TestNothingHandedInIsChangedBesideAnError(t *testing.T) {
 	s, words := []int{2, 2}, []int64{most, most, 1, 2}
 	x := sample.Roomy(s, words)
 	for _, mask := range [][]int{{0, 0, 1, 1}, {1, 1, 0, 0}, {1, 1, 1}, nil} {
-		lets := append(slices.Clone(mask), 91)[:len(mask)]
+		lets := sample.RoomyInts(mask)
 		maskedTells(t, x, lets, 8, api.ErrShape)
-		if !slices.Equal(lets[:len(mask)+1], append(slices.Clone(mask), 91)) {
+		if !sample.IntsAsHandedIn(lets, mask) {
 			t.Errorf("%v, now %v", mask, lets)
 		}
 	}
